@@ -1,0 +1,336 @@
+package net
+
+import (
+	"slices"
+	"strconv"
+	"strings"
+	"testing"
+
+	"mizmaze/api"
+	"mizmaze/auto"
+)
+
+// sequence returns a function whose results, less than n, look irregular but are the same in each run.
+func sequence(seed uint64) func(n int) int {
+	return func(n int) int {
+		seed = seed*6364136223846793005 + 1442695040888963407
+		return int(seed>>33) % n
+	}
+}
+
+func anyAuto(next func(int) int, states, letters int) api.Auto {
+	a := api.Auto{Next: make([][]int, states)}
+	for s := range a.Next {
+		for range letters {
+			a.Next[s] = append(a.Next[s], next(states))
+		}
+	}
+	return a
+}
+
+func parse(t *testing.T, s string) api.Auto {
+	t.Helper()
+	a, e := auto.Parse(s)
+	if e != api.OK {
+		t.Fatal(s, e)
+	}
+	return a
+}
+
+// all calls try with every automaton of that many states and letters.
+func all(states, letters int, try func(a api.Auto)) {
+	count := 1
+	for range states * letters {
+		count *= states
+	}
+	for code := range count {
+		a := api.Auto{Next: make([][]int, states)}
+		for s := range a.Next {
+			for range letters {
+				a.Next[s] = append(a.Next[s], code%states)
+				code /= states
+			}
+		}
+		try(a)
+	}
+}
+
+// some calls try with small automata of all kinds, and with large ones.
+func some(try func(a api.Auto)) {
+	all(1, 2, try)
+	all(2, 2, try)
+	all(3, 2, try)
+	all(4, 1, try)
+	next := sequence(1)
+	for range 200 {
+		try(anyAuto(next, 1+next(8), 1+next(3)))
+	}
+	for range 5 {
+		try(anyAuto(next, 60, 6))
+		try(anyAuto(next, 60, 1))
+	}
+}
+
+// after returns for each state and each number of letters, up to most, the states to which words of that length lead.
+func after(a api.Auto, s, most int) [][]bool {
+	now := make([]bool, len(a.Next))
+	now[s] = true
+	levels := [][]bool{now}
+	for range most {
+		then := make([]bool, len(a.Next))
+		for p, in := range now {
+			if in {
+				for _, q := range a.Next[p] {
+					then[q] = true
+				}
+			}
+		}
+		levels = append(levels, then)
+		now = then
+	}
+	return levels
+}
+
+// closure returns which states are reached from which.
+func closure(a api.Auto) [][]bool {
+	n := len(a.Next)
+	reach := make([][]bool, n)
+	for s := range reach {
+		reach[s] = make([]bool, n)
+		for _, level := range after(a, s, n) {
+			for p, in := range level {
+				reach[s][p] = reach[s][p] || in
+			}
+		}
+	}
+	return reach
+}
+
+func strong(reach [][]bool) bool {
+	for _, row := range reach {
+		if slices.Contains(row, false) {
+			return false
+		}
+	}
+	return true
+}
+
+func TestForm(t *testing.T) {
+	for _, a := range []api.Auto{{}, {Next: [][]int{{}}}, {Next: [][]int{{1}}}, {Next: [][]int{{0}, {0, 0}}}} {
+		if ok, e := Connected(a); ok || e != api.ErrForm {
+			t.Error("Connected", a, e)
+		}
+		if w, e := Path(a, -1, -1); w != nil || e != api.ErrForm {
+			t.Error("Path", a, e)
+		}
+		if l, e := Sinks(a); l != nil || e != api.ErrForm {
+			t.Error("Sinks", a, e)
+		}
+		if p, e := Period(a); p != 0 || e != api.ErrForm {
+			t.Error("Period", a, e)
+		}
+		if l, e := Classes(a); l != nil || e != api.ErrForm {
+			t.Error("Classes", a, e)
+		}
+	}
+}
+
+func TestConnected(t *testing.T) {
+	some(func(a api.Auto) {
+		if ok, e := Connected(a); ok != strong(closure(a)) || e != api.OK {
+			t.Fatal(a, ok, e)
+		}
+	})
+}
+
+func TestPath(t *testing.T) {
+	some(func(a api.Auto) {
+		if len(a.Next) > 8 {
+			return
+		}
+		for s := range a.Next {
+			levels := after(a, s, len(a.Next))
+			for q := range a.Next {
+				checkPath(t, a, s, q, levels)
+			}
+		}
+	})
+}
+
+// checkPath compares a path with the first word, in order, of the least length that leads there.
+func checkPath(t *testing.T, a api.Auto, s, q int, levels [][]bool) {
+	t.Helper()
+	word, e := Path(a, s, q)
+	least := slices.IndexFunc(levels, func(level []bool) bool { return level[q] })
+	if least < 0 {
+		if word != nil || e != api.ErrNone {
+			t.Fatal(a, s, q, word, e)
+		}
+		return
+	}
+	var first func(p, length int) ([]int, bool)
+	first = func(p, length int) ([]int, bool) {
+		if length == 0 {
+			return nil, p == q
+		}
+		for x, r := range a.Next[p] {
+			if rest, ok := first(r, length-1); ok {
+				return append([]int{x}, rest...), true
+			}
+		}
+		return nil, false
+	}
+	if want, _ := first(s, least); e != api.OK || !slices.Equal(word, want) {
+		t.Fatal(a, s, q, word, want, e)
+	}
+}
+
+func TestPathArguments(t *testing.T) {
+	a := parse(t, "1.0 0.0")
+	for _, pair := range [][2]int{{-1, 0}, {0, -1}, {2, 0}, {0, 2}} {
+		if w, e := Path(a, pair[0], pair[1]); w != nil || e != api.ErrArg {
+			t.Error(pair, e)
+		}
+	}
+	long := make([]string, 60)
+	for s := range long {
+		long[s] = "0." + strconv.Itoa(min(s+1, 59))
+	}
+	if w, e := Path(parse(t, strings.Join(long, " ")), 0, 59); e != api.OK || len(w) != 59 || slices.Contains(w, 0) {
+		t.Error(w, e)
+	}
+}
+
+func TestSinks(t *testing.T) { // P2.3
+	some(func(a api.Auto) {
+		reach := closure(a)
+		sinks, e := Sinks(a)
+		if e != api.OK || len(sinks) == 0 {
+			t.Fatal(a, sinks, e)
+		}
+		sink := make([]int, len(a.Next)) // which sink, counted from 1, a state is in
+		for i, states := range sinks {
+			if len(states) == 0 || i > 0 && sinks[i-1][0] >= states[0] {
+				t.Fatal(a, sinks)
+			}
+			for j, s := range states {
+				if sink[s] > 0 || j > 0 && states[j-1] >= s {
+					t.Fatal(a, sinks)
+				}
+				sink[s] = i + 1
+			}
+		}
+		for s, row := range reach {
+			into := false
+			closed := true
+			for q, ok := range row {
+				into = into || ok && sink[q] > 0
+				closed = closed && (!ok || reach[q][s])
+				if sink[s] > 0 && ok != (sink[q] == sink[s]) {
+					t.Fatal(a, sinks, s, q)
+				}
+			}
+			if !into || closed != (sink[s] > 0) {
+				t.Fatal(a, sinks, s)
+			}
+		}
+	})
+}
+
+func TestOneSink(t *testing.T) { // P2.4
+	found := 0
+	all(3, 2, func(a api.Auto) {
+		for code := range 1 << 4 {
+			word := []int{code & 1, code >> 1 & 1, code >> 2 & 1, code >> 3 & 1}
+			image, _ := auto.Image(a, []int{0, 1, 2}, word)
+			if len(image) > 1 {
+				continue
+			}
+			found++
+			if sinks, _ := Sinks(a); len(sinks) != 1 || !slices.Contains(sinks[0], image[0]) {
+				t.Fatal(a, word, sinks)
+			}
+		}
+	})
+	if found == 0 {
+		t.Error("no reset word")
+	}
+}
+
+func TestPeriod(t *testing.T) { // P2.1
+	some(func(a api.Auto) {
+		period, e := Period(a)
+		classes, ce := Classes(a)
+		if !strong(closure(a)) {
+			if period != 0 || e != api.ErrArg || classes != nil || ce != api.ErrArg {
+				t.Fatal(a, period, e, classes, ce)
+			}
+			return
+		}
+		if e != api.OK || ce != api.OK || len(classes) != len(a.Next) || classes[0] != 0 {
+			t.Fatal(a, period, e, classes, ce)
+		}
+		for s, row := range a.Next {
+			for _, q := range row {
+				if classes[q] != (classes[s]+1)%period {
+					t.Fatal(a, period, classes)
+				}
+			}
+		}
+		// The classes show that the period divides all lengths; that it is the greatest divisor is counted.
+		n := len(a.Next)
+		divisor := 0
+		for length, level := range after(a, 0, 2*n*n) {
+			if level[0] {
+				divisor = gcd(length, divisor)
+			}
+		}
+		if divisor != period {
+			t.Fatal(a, period, divisor)
+		}
+	})
+}
+
+func TestEveryLength(t *testing.T) { // P2.2
+	found := 0
+	some(func(a api.Auto) {
+		if period, _ := Period(a); period != 1 {
+			return
+		}
+		found++
+		n := len(a.Next)
+		for s := range n {
+			for _, level := range after(a, s, (n-1)*(n-1)+5)[(n-1)*(n-1)+1:] {
+				if slices.Contains(level, false) {
+					t.Fatal(a, s)
+				}
+			}
+		}
+	})
+	if found < 10 {
+		t.Error(found)
+	}
+}
+
+func TestExamples(t *testing.T) {
+	a := parse(t, "1.1 2.2 0.0")
+	if ok, e := Connected(a); !ok || e != api.OK {
+		t.Error(ok, e)
+	}
+	if p, e := Period(a); p != 3 || e != api.OK {
+		t.Error(p, e)
+	}
+	if l, e := Classes(a); !slices.Equal(l, []int{0, 1, 2}) || e != api.OK {
+		t.Error(l, e)
+	}
+	if p, e := Period(parse(t, "1.0 0.0")); p != 1 || e != api.OK {
+		t.Error(p, e)
+	}
+	l, e := Sinks(parse(t, "1.1 1.1 2.2"))
+	if len(l) != 2 || !slices.Equal(l[0], []int{1}) || !slices.Equal(l[1], []int{2}) || e != api.OK {
+		t.Error(l, e)
+	}
+	if p, e := Period(parse(t, "0")); p != 1 || e != api.OK {
+		t.Error(p, e)
+	}
+}

@@ -1,0 +1,223 @@
+package short
+
+import (
+	"slices"
+	"testing"
+
+	"mizmaze/api"
+	"mizmaze/auto"
+	"mizmaze/reset"
+	"mizmaze/sets"
+)
+
+// sequence returns a function whose results, less than n, look irregular but are the same in each run.
+func sequence(seed uint64) func(n int) int {
+	return func(n int) int {
+		seed = seed*6364136223846793005 + 1442695040888963407
+		return int(seed>>33) % n
+	}
+}
+
+func anyAuto(next func(int) int, states, letters int) api.Auto {
+	a := api.Auto{Next: make([][]int, states)}
+	for s := range a.Next {
+		for range letters {
+			a.Next[s] = append(a.Next[s], next(states))
+		}
+	}
+	return a
+}
+
+func parse(t *testing.T, s string) api.Auto {
+	t.Helper()
+	a, e := auto.Parse(s)
+	if e != api.OK {
+		t.Fatal(s, e)
+	}
+	return a
+}
+
+// all calls try with every automaton of that many states and letters.
+func all(states, letters int, try func(a api.Auto)) {
+	count := 1
+	for range states * letters {
+		count *= states
+	}
+	for code := range count {
+		a := api.Auto{Next: make([][]int, states)}
+		for s := range a.Next {
+			for range letters {
+				a.Next[s] = append(a.Next[s], code%states)
+				code /= states
+			}
+		}
+		try(a)
+	}
+}
+
+// some calls try with small automata of all kinds.
+func some(try func(a api.Auto)) {
+	all(1, 2, try)
+	all(2, 2, try)
+	all(3, 2, try)
+	all(4, 1, try)
+	next := sequence(1)
+	for range 300 {
+		try(anyAuto(next, 1+next(5), 1+next(3)))
+	}
+}
+
+// firstWord tries all words of up to most letters in order, shorter ones first, until one leads from all states to at most size states.
+func firstWord(a api.Auto, size, most int) ([]int, bool) {
+	var try func(set sets.Set, length int) ([]int, bool)
+	try = func(set sets.Set, length int) ([]int, bool) {
+		if length == 0 {
+			return nil, set.Size() <= size
+		}
+		for x := range a.Next[0] {
+			if rest, ok := try(set.Image(a.Next, x), length-1); ok {
+				return append([]int{x}, rest...), true
+			}
+		}
+		return nil, false
+	}
+	for length := range most + 1 {
+		if word, ok := try(sets.Below(len(a.Next)), length); ok {
+			return word, true
+		}
+	}
+	return nil, false
+}
+
+func TestErrors(t *testing.T) {
+	for _, a := range []api.Auto{{}, {Next: [][]int{{}}}, {Next: [][]int{{1}}}, {Next: [][]int{{0}, {0, 0}}}, anyAuto(sequence(2), 61, 1)} {
+		if w, e := Shortest(a); w != nil || e != api.ErrForm {
+			t.Error("Shortest", a, e)
+		}
+		if r, w, e := Rank(a); r != 0 || w != nil || e != api.ErrForm {
+			t.Error("Rank", a, e)
+		}
+	}
+	for _, n := range []int{13, 60} {
+		a := anyAuto(sequence(3), n, 2)
+		if w, e := Shortest(a); w != nil || e != api.ErrSize {
+			t.Error("Shortest", e)
+		}
+		if r, w, e := Rank(a); r != 0 || w != nil || e != api.ErrSize {
+			t.Error("Rank", e)
+		}
+	}
+	for _, n := range []int{-1, 0, 1, 61} {
+		if a, e := Cerny(n); a.Next != nil || e != api.ErrArg {
+			t.Error("Cerny", n, e)
+		}
+	}
+}
+
+func TestShortest(t *testing.T) { // P4.1
+	some(func(a api.Auto) {
+		word, e := Shortest(a)
+		if apart, _ := reset.Apart(a); len(apart) > 0 {
+			if word != nil || e != api.ErrNone {
+				t.Fatal(a, word, e)
+			}
+			return
+		}
+		if e != api.OK || len(word) > 9 {
+			if image, _ := auto.Image(a, sets.Below(len(a.Next)).List(), word); e != api.OK || len(image) != 1 {
+				t.Fatal(a, word, e)
+			}
+			return
+		}
+		if want, ok := firstWord(a, 1, len(word)); !ok || !slices.Equal(word, want) {
+			t.Fatal(a, word, want)
+		}
+	})
+}
+
+func TestRank(t *testing.T) { // P4.2
+	some(func(a api.Auto) {
+		rank, word, e := Rank(a)
+		apart, _ := reset.Apart(a)
+		image, _ := auto.Image(a, sets.Below(len(a.Next)).List(), word)
+		if e != api.OK || len(image) != rank || (rank == 1) != (len(apart) == 0) {
+			t.Fatal(a, rank, word, e)
+		}
+		if _, ok := firstWord(a, rank-1, 7); ok {
+			t.Fatal(a, rank)
+		}
+		if want, ok := firstWord(a, rank, min(len(word), 9)); ok != (len(word) <= 9) || ok && !slices.Equal(word, want) {
+			t.Fatal(a, rank, word, want)
+		}
+	})
+}
+
+func TestCerny(t *testing.T) { // P4.3
+	for n := 2; n <= api.MaxStates; n++ {
+		a, e := Cerny(n)
+		if e != api.OK || !auto.Valid(a) || len(a.Next) != n || len(a.Next[0]) != 2 {
+			t.Fatal(n, e)
+		}
+		for s, row := range a.Next {
+			if row[0] != (s+1)%n || row[1] != s%(n-1) {
+				t.Fatal(n, s, row)
+			}
+		}
+		if n > api.MaxSmall {
+			continue
+		}
+		if word, e := Shortest(a); len(word) != (n-1)*(n-1) || e != api.OK {
+			t.Error(n, len(word), e)
+		}
+	}
+}
+
+func TestSmall(t *testing.T) { // P4.4
+	for n := 1; n <= 4; n++ {
+		longest := 0
+		all(n, 2, func(a api.Auto) {
+			word, _ := Shortest(a)
+			longest = max(longest, len(word))
+		})
+		if longest != (n-1)*(n-1) {
+			t.Error(n, longest)
+		}
+	}
+}
+
+func TestLargest(t *testing.T) {
+	a := anyAuto(sequence(4), api.MaxSmall, api.MaxLetters)
+	word, e := Shortest(a)
+	if image, _ := auto.Image(a, sets.Below(api.MaxSmall).List(), word); len(image) != 1 || e != api.OK {
+		t.Error(word, e)
+	}
+	cycle := api.Auto{}
+	for s := range api.MaxSmall {
+		cycle.Next = append(cycle.Next, []int{(s + 1) % api.MaxSmall})
+	}
+	if r, w, e := Rank(cycle); r != api.MaxSmall || len(w) != 0 || e != api.OK {
+		t.Error(r, w, e)
+	}
+	if w, e := Shortest(cycle); w != nil || e != api.ErrNone {
+		t.Error(w, e)
+	}
+}
+
+func TestExamples(t *testing.T) {
+	a, e := Cerny(3)
+	if s, _ := auto.Text(a); s != "1.0 2.1 0.0" || e != api.OK {
+		t.Error(s, e)
+	}
+	if w, e := Shortest(a); !slices.Equal(w, []int{1, 0, 0, 1}) || e != api.OK {
+		t.Error(w, e)
+	}
+	if r, w, e := Rank(parse(t, "1.1 0.0")); r != 2 || len(w) != 0 || e != api.OK {
+		t.Error(r, w, e)
+	}
+	if r, w, e := Rank(parse(t, "0")); r != 1 || len(w) != 0 || e != api.OK {
+		t.Error(r, w, e)
+	}
+	if w, e := Shortest(parse(t, "0")); len(w) != 0 || e != api.OK {
+		t.Error(w, e)
+	}
+}

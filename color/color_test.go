@@ -1,0 +1,415 @@
+package color
+
+import (
+	"reflect"
+	"slices"
+	"testing"
+
+	"mizmaze/api"
+	"mizmaze/auto"
+	"mizmaze/net"
+	"mizmaze/sets"
+)
+
+// sequence returns a function whose results, less than n, look irregular but are the same in each run.
+func sequence(seed uint64) func(n int) int {
+	return func(n int) int {
+		seed = seed*6364136223846793005 + 1442695040888963407
+		return int(seed>>33) % n
+	}
+}
+
+func anyAuto(next func(int) int, states, letters int) api.Auto {
+	a := api.Auto{Next: make([][]int, states)}
+	for s := range a.Next {
+		for range letters {
+			a.Next[s] = append(a.Next[s], next(states))
+		}
+	}
+	return a
+}
+
+// anyPeriod returns an automaton whose letters lead from class to class, of so many classes.
+func anyPeriod(next func(int) int, classes, letters int) api.Auto {
+	each := 1 + next(3)
+	a := api.Auto{Next: make([][]int, classes*each)}
+	for s := range a.Next {
+		for range letters {
+			a.Next[s] = append(a.Next[s], (s+1)%classes+classes*next(each))
+		}
+	}
+	return a
+}
+
+func anyPerms(next func(int) int, states, letters int) [][]int {
+	perms := make([][]int, states)
+	for s := range perms {
+		for x := range letters {
+			perms[s] = slices.Insert(perms[s], next(x+1), x)
+		}
+	}
+	return perms
+}
+
+func parse(t *testing.T, s string) api.Auto {
+	t.Helper()
+	a, e := auto.Parse(s)
+	if e != api.OK {
+		t.Fatal(s, e)
+	}
+	return a
+}
+
+// all calls try with every automaton of that many states and letters.
+func all(states, letters int, try func(a api.Auto)) {
+	count := 1
+	for range states * letters {
+		count *= states
+	}
+	for code := range count {
+		a := api.Auto{Next: make([][]int, states)}
+		for s := range a.Next {
+			for range letters {
+				a.Next[s] = append(a.Next[s], code%states)
+				code /= states
+			}
+		}
+		try(a)
+	}
+}
+
+// some calls try with small automata of all kinds.
+func some(try func(a api.Auto)) {
+	all(1, 2, try)
+	all(2, 2, try)
+	all(3, 2, try)
+	all(4, 1, try)
+	next := sequence(1)
+	for range 300 {
+		try(anyAuto(next, 1+next(7), 1+next(3)))
+		try(anyPeriod(next, 1+next(4), 1+next(3)))
+	}
+}
+
+func invalid() []api.Auto {
+	return []api.Auto{{}, {Next: [][]int{{}}}, {Next: [][]int{{1}}}, {Next: [][]int{{0}, {0, 0}}}, anyAuto(sequence(2), 61, 1)}
+}
+
+// colourings calls try with all colourings, some of them many times.
+func colourings(a api.Auto, try func(b api.Auto)) {
+	b := api.Auto{Next: make([][]int, len(a.Next))}
+	var from func(s int)
+	from = func(s int) {
+		if s == len(a.Next) {
+			try(b)
+			return
+		}
+		var fill func(row, left []int)
+		fill = func(row, left []int) {
+			if len(left) == 0 {
+				b.Next[s] = row
+				from(s + 1)
+			}
+			for i, q := range left {
+				fill(append(slices.Clone(row), q), slices.Delete(slices.Clone(left), i, i+1))
+			}
+		}
+		fill(nil, a.Next[s])
+	}
+	from(0)
+}
+
+func checkRoad(t *testing.T, a api.Auto) {
+	t.Helper()
+	b, word, e := Road(a)
+	if e != api.OK {
+		t.Fatal(a, e)
+	}
+	if same, e := Same(a, b); !same || e != api.OK {
+		t.Fatal(a, b, e)
+	}
+	n := len(a.Next)
+	image, e := auto.Image(b, sets.Below(n).List(), word)
+	if len(image) != 1 || e != api.OK || len(word) > (n*n*n-n)/6 {
+		t.Fatal(a, b, word, image, e)
+	}
+}
+
+func TestForm(t *testing.T) {
+	good := api.Auto{Next: [][]int{{0}}}
+	for _, a := range invalid() {
+		if b, e := Colored(a, nil); b.Next != nil || e != api.ErrForm {
+			t.Error("Colored", a, e)
+		}
+		if ok, e := Same(a, good); ok || e != api.ErrForm {
+			t.Error("Same", a, e)
+		}
+		if ok, e := Same(good, a); ok || e != api.ErrForm {
+			t.Error("Same", a, e)
+		}
+		if c, e := Colorings(a); c != 0 || e != api.ErrForm {
+			t.Error("Colorings", a, e)
+		}
+		if b, w, e := Road(a); b.Next != nil || w != nil || e != api.ErrForm {
+			t.Error("Road", a, e)
+		}
+	}
+}
+
+func TestColored(t *testing.T) {
+	next := sequence(4)
+	some(func(a api.Auto) {
+		perms := anyPerms(next, len(a.Next), len(a.Next[0]))
+		b, e := Colored(a, perms)
+		if e != api.OK {
+			t.Fatal(a, perms, e)
+		}
+		for s, row := range perms {
+			for x, y := range row {
+				if b.Next[s][x] != a.Next[s][y] {
+					t.Fatal(a, perms, b)
+				}
+			}
+		}
+	})
+	a := parse(t, "1.0 0.1")
+	for _, perms := range [][][]int{nil, {{0, 1}}, {{0, 1}, {0}}, {{0, 1}, {0, 0}}, {{0, 1}, {0, 2}}, {{-1, 0}, {0, 1}}, {{0, 1}, {0, 1, 1}}, {{0, 1}, {0, 1}, {0, 1}}} {
+		if b, e := Colored(a, perms); b.Next != nil || e != api.ErrArg {
+			t.Error(perms, b, e)
+		}
+	}
+}
+
+func TestSame(t *testing.T) { // P5.3
+	all(2, 2, func(a api.Auto) {
+		all(2, 2, func(b api.Auto) {
+			want := false
+			colourings(a, func(c api.Auto) { want = want || reflect.DeepEqual(b, c) })
+			if same, e := Same(a, b); same != want || e != api.OK {
+				t.Fatal(a, b, same, e)
+			}
+		})
+	})
+	next := sequence(5)
+	some(func(a api.Auto) {
+		b, _ := Colored(a, anyPerms(next, len(a.Next), len(a.Next[0])))
+		c, _ := Colored(b, anyPerms(next, len(a.Next), len(a.Next[0])))
+		for _, pair := range [][2]api.Auto{{a, a}, {a, b}, {b, a}, {a, c}, {c, a}} {
+			if same, e := Same(pair[0], pair[1]); !same || e != api.OK {
+				t.Fatal(pair)
+			}
+		}
+		d := api.Auto{Next: append(slices.Clone(c.Next), c.Next[0])}
+		if same, e := Same(a, d); same || e != api.OK {
+			t.Fatal(a, d)
+		}
+	})
+	for _, pair := range [][2]string{{"0", "0.0"}, {"0.0 1.1", "0.1 0.1"}, {"0.0.1 0.0.0", "0.1.1 0.0.0"}, {"0", "0 1"}} {
+		if same, e := Same(parse(t, pair[0]), parse(t, pair[1])); same || e != api.OK {
+			t.Error(pair)
+		}
+	}
+}
+
+func TestAlike(t *testing.T) { // P5.3
+	some(func(a api.Auto) {
+		b, _ := Colored(a, anyPerms(sequence(6), len(a.Next), len(a.Next[0])))
+		connected, _ := net.Connected(a)
+		period, e := net.Period(a)
+		if c, _ := net.Connected(b); c != connected {
+			t.Fatal(a, b)
+		}
+		if p, f := net.Period(b); p != period || f != e {
+			t.Fatal(a, b, period, p)
+		}
+	})
+}
+
+func TestColorings(t *testing.T) {
+	some(func(a api.Auto) {
+		if len(a.Next) > 4 {
+			return
+		}
+		seen := map[string]bool{}
+		colourings(a, func(b api.Auto) {
+			s, _ := auto.Text(b)
+			seen[s] = true
+		})
+		if count, e := Colorings(a); count != len(seen) || e != api.OK {
+			t.Fatal(a, count, len(seen), e)
+		}
+		// Road goes through all of them if it has to.
+		ranged := map[string]bool{}
+		for b := range numberings(a) {
+			s, _ := auto.Text(b)
+			ranged[s] = true
+		}
+		if !reflect.DeepEqual(seen, ranged) {
+			t.Fatal(a, len(seen), len(ranged))
+		}
+	})
+}
+
+func TestManyColorings(t *testing.T) {
+	two := func(states int) api.Auto {
+		var a api.Auto
+		for s := range states {
+			a.Next = append(a.Next, []int{s, (s + 1) % states})
+		}
+		return a
+	}
+	if count, e := Colorings(two(60)); count != api.MaxCount || e != api.OK {
+		t.Error(count, e)
+	}
+	more := two(60)
+	for s := range more.Next {
+		more.Next[s] = append(more.Next[s], s)
+	}
+	if count, e := Colorings(more); count != 0 || e != api.ErrSize {
+		t.Error(count, e)
+	}
+	one := api.Auto{}
+	for s := range 60 {
+		one.Next = append(one.Next, []int{s, s, s, s, s, s})
+	}
+	if count, e := Colorings(one); count != 1 || e != api.OK {
+		t.Error(count, e)
+	}
+	one.Next[3] = []int{0, 1, 2, 3, 4, 5}
+	one.Next[4] = []int{0, 0, 2, 3, 3, 3}
+	if count, e := Colorings(one); count != 720*60 || e != api.OK {
+		t.Error(count, e)
+	}
+}
+
+func TestRoad(t *testing.T) { // P5.1
+	roads := 0
+	some(func(a api.Auto) {
+		period, e := net.Period(a)
+		switch {
+		case period == 1:
+			roads++
+			checkRoad(t, a)
+		case e == api.OK:
+			if b, w, e := Road(a); b.Next != nil || w != nil || e != api.ErrNone {
+				t.Fatal(a, e)
+			}
+		default:
+			if b, w, e := Road(a); b.Next != nil || w != nil || e != api.ErrArg {
+				t.Fatal(a, e)
+			}
+		}
+	})
+	if roads < 100 {
+		t.Error(roads)
+	}
+}
+
+func TestPeriods(t *testing.T) { // P5.2
+	next := sequence(7)
+	some(func(a api.Auto) {
+		period, e := net.Period(a)
+		if e != api.OK {
+			return
+		}
+		b, _ := Colored(a, anyPerms(next, len(a.Next), len(a.Next[0])))
+		word := make([]int, 50)
+		for i := range word {
+			word[i] = next(len(a.Next[0]))
+		}
+		if image, _ := auto.Image(b, sets.Below(len(a.Next)).List(), word); len(image) < period {
+			t.Fatal(b, word, period)
+		}
+	})
+}
+
+// Networks with a plan, whose first numbering has no reset word: its letters permute the states, or classes of them.
+func TestRegularRoads(t *testing.T) {
+	for _, n := range []int{2, 3, 5, 12, 19, 20, 59, 60} {
+		for _, steps := range [][]int{{1, 2}, {0, 1}, {1, 3, 6}, {0, 2, 4, 6, 1, 3}, {0, 0, 0, 0, 2, 3}} {
+			var a api.Auto
+			for s := range n {
+				var row []int
+				for _, step := range steps {
+					row = append(row, (s+step)%n)
+				}
+				a.Next = append(a.Next, row)
+			}
+			if period, _ := net.Period(a); period == 1 {
+				checkRoad(t, a)
+			}
+		}
+	}
+}
+
+// Wielandt's networks: a circle with one short cut.
+func TestShortCut(t *testing.T) {
+	for n := 2; n <= 60; n++ {
+		var a api.Auto
+		for s := range n {
+			a.Next = append(a.Next, []int{(s + 1) % n, (s + 1) % n})
+		}
+		a.Next[n-1][1] = 1 % n
+		checkRoad(t, a)
+	}
+}
+
+// Doubling the number of a state and adding one leads through a network whose numberings are many.
+func TestDoubling(t *testing.T) {
+	for _, n := range []int{2, 8, 16, 32, 57, 60} {
+		var a api.Auto
+		for s := range n {
+			a.Next = append(a.Next, []int{2 * s % n, (2*s + 1) % n})
+		}
+		checkRoad(t, a)
+	}
+}
+
+func TestLargeRoads(t *testing.T) {
+	next := sequence(8)
+	for range 10 {
+		a := anyAuto(next, 60, 2+next(5))
+		for s := range a.Next {
+			a.Next[s][0] = (s + 1) % 60
+		}
+		if period, _ := net.Period(a); period == 1 {
+			checkRoad(t, a)
+		}
+	}
+}
+
+func TestMemory(t *testing.T) {
+	a := parse(t, "1.0 0.1")
+	perms := [][]int{{0, 1}, {0, 1}}
+	b, _ := Colored(a, perms)
+	c, _, _ := Road(parse(t, "0"))
+	d := parse(t, "1.0 0.0")
+	r, _, _ := Road(d)
+	b.Next[0][0], c.Next[0][0], r.Next[0][0] = 9, 9, 9
+	if s, _ := auto.Text(a); s != "1.0 0.1" || !reflect.DeepEqual(perms, [][]int{{0, 1}, {0, 1}}) {
+		t.Error(s, perms)
+	}
+	if s, _ := auto.Text(d); s != "1.0 0.0" {
+		t.Error(s)
+	}
+}
+
+func TestExamples(t *testing.T) {
+	a := parse(t, "1.1 2.2 0.0")
+	if c, e := Colorings(a); c != 1 || e != api.OK {
+		t.Error(c, e)
+	}
+	if _, _, e := Road(a); e != api.ErrNone {
+		t.Error(e)
+	}
+	a = parse(t, "1.2 2.2 0.0")
+	if c, e := Colorings(a); c != 2 || e != api.OK {
+		t.Error(c, e)
+	}
+	checkRoad(t, a)
+	if same, e := Same(parse(t, "1.0 0.1"), parse(t, "1.0 1.0")); !same || e != api.OK {
+		t.Error(same, e)
+	}
+	checkRoad(t, parse(t, "1.0 0.1"))
+	checkRoad(t, parse(t, "0"))
+}

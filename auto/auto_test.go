@@ -7,34 +7,9 @@ import (
 	"testing"
 
 	"mizmaze/api"
+	"mizmaze/sample"
 	"mizmaze/sets"
 )
-
-// sequence returns a function whose results, less than n, look irregular but are the same in each run.
-func sequence(seed uint64) func(n int) int {
-	return func(n int) int {
-		seed = seed*6364136223846793005 + 1442695040888963407
-		return int(seed>>33) % n
-	}
-}
-
-func anyAuto(next func(int) int, states, letters int) api.Auto {
-	a := api.Auto{Next: make([][]int, states)}
-	for s := range a.Next {
-		for range letters {
-			a.Next[s] = append(a.Next[s], next(states))
-		}
-	}
-	return a
-}
-
-func anyWord(next func(int) int, letters, length int) []int {
-	word := make([]int, length)
-	for i := range word {
-		word[i] = next(letters)
-	}
-	return word
-}
 
 func anySet(next func(int) int, states int) []int {
 	var set []int
@@ -48,14 +23,14 @@ func anySet(next func(int) int, states int) []int {
 
 // autos calls try with automata of all sizes that matter.
 func autos(try func(a api.Auto, next func(int) int)) {
-	next := sequence(1)
+	next := sample.Numbers(1)
 	for i := range 200 {
-		try(anyAuto(next, 1+next(9), 1+next(6)), next)
+		try(sample.Auto(next, 1+next(9), 1+next(6)), next)
 		if i%20 == 0 {
-			try(anyAuto(next, 60, 6), next)
+			try(sample.Auto(next, 60, 6), next)
 		}
 	}
-	try(anyAuto(next, 1, 1), next)
+	try(sample.Auto(next, 1, 1), next)
 }
 
 func clone(a api.Auto) api.Auto {
@@ -67,42 +42,26 @@ func clone(a api.Auto) api.Auto {
 }
 
 func TestValid(t *testing.T) {
-	next := sequence(2)
+	next := sample.Numbers(2)
 	for _, a := range []api.Auto{
 		{Next: [][]int{{0}}},
-		anyAuto(next, 60, 6),
+		sample.Auto(next, 60, 6),
 		{Next: [][]int{{1, 0}, {0, 0}}},
 	} {
 		if !Valid(a) {
 			t.Error("not valid:", a)
 		}
 	}
-	for _, a := range invalid() {
+	for _, a := range sample.InvalidAutos() {
 		if Valid(a) {
 			t.Error("valid:", a)
 		}
 	}
 }
 
-func invalid() []api.Auto {
-	next := sequence(3)
-	return []api.Auto{
-		{},
-		{Next: [][]int{{}}},
-		{Next: [][]int{nil, nil}},
-		{Next: [][]int{{1}}},
-		{Next: [][]int{{-1}}},
-		{Next: [][]int{{0, 0}, {0}}},
-		{Next: [][]int{{0}, {0, 0}}},
-		{Next: [][]int{{0, 1}, {0, 2}}},
-		anyAuto(next, 61, 1),
-		anyAuto(next, 3, 7),
-	}
-}
-
 // Every function refuses an automaton that is not valid before it looks at anything else.
 func TestForm(t *testing.T) {
-	for _, a := range invalid() {
+	for _, a := range sample.InvalidAutos() {
 		if s, e := Run(a, -1, []int{-1}); s != 0 || e != api.ErrForm {
 			t.Error("Run", a, e)
 		}
@@ -166,8 +125,8 @@ func TestArguments(t *testing.T) {
 }
 
 func TestLongestWord(t *testing.T) {
-	a := anyAuto(sequence(4), 60, 6)
-	word := anyWord(sequence(5), 6, api.MaxWord)
+	a := sample.Auto(sample.Numbers(4), 60, 6)
+	word := sample.Word(sample.Numbers(5), 6, api.MaxWord)
 	all := sets.Below(60).List()
 	want := 17
 	for _, x := range word {
@@ -190,7 +149,7 @@ func TestLongestWord(t *testing.T) {
 func TestParts(t *testing.T) { // P1.1
 	autos(func(a api.Auto, next func(int) int) {
 		letters := len(a.Next[0])
-		u, v := anyWord(next, letters, next(5)), anyWord(next, letters, next(5))
+		u, v := sample.Word(next, letters, next(5)), sample.Word(next, letters, next(5))
 		for s := range a.Next {
 			middle, _ := Run(a, s, u)
 			end, _ := Run(a, middle, v)
@@ -205,7 +164,7 @@ func TestSets(t *testing.T) { // P1.2
 	autos(func(a api.Auto, next func(int) int) {
 		n := len(a.Next)
 		x, y := anySet(next, n), anySet(next, n)
-		word := anyWord(next, len(a.Next[0]), next(5))
+		word := sample.Word(next, len(a.Next[0]), next(5))
 		ix, ex := Image(a, x, word)
 		iy, _ := Image(a, y, word)
 		both, _ := Image(a, (sets.Of(x) | sets.Of(y)).List(), word)
@@ -244,7 +203,7 @@ func TestRenamed(t *testing.T) { // P1.3
 		if e != api.OK || !Valid(b) {
 			t.Fatal(a, names, e)
 		}
-		word := anyWord(next, len(a.Next[0]), next(6))
+		word := sample.Word(next, len(a.Next[0]), next(6))
 		for s := range a.Next {
 			old, _ := Run(a, s, word)
 			if r, _ := Run(b, names[s], word); r != names[old] {
@@ -258,13 +217,13 @@ func TestPower(t *testing.T) { // P1.4
 	autos(func(a api.Auto, next func(int) int) {
 		words := make([][]int, 1+next(api.MaxLetters))
 		for i := range words {
-			words[i] = anyWord(next, len(a.Next[0]), next(4))
+			words[i] = sample.Word(next, len(a.Next[0]), next(4))
 		}
 		b, e := Power(a, words)
 		if e != api.OK || !Valid(b) || len(b.Next[0]) != len(words) {
 			t.Fatal(a, words, e)
 		}
-		word := anyWord(next, len(words), next(4))
+		word := sample.Word(next, len(words), next(4))
 		var whole []int
 		for _, i := range word {
 			whole = append(whole, words[i]...)

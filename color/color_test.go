@@ -8,26 +8,9 @@ import (
 	"mizmaze/api"
 	"mizmaze/auto"
 	"mizmaze/net"
+	"mizmaze/sample"
 	"mizmaze/sets"
 )
-
-// sequence returns a function whose results, less than n, look irregular but are the same in each run.
-func sequence(seed uint64) func(n int) int {
-	return func(n int) int {
-		seed = seed*6364136223846793005 + 1442695040888963407
-		return int(seed>>33) % n
-	}
-}
-
-func anyAuto(next func(int) int, states, letters int) api.Auto {
-	a := api.Auto{Next: make([][]int, states)}
-	for s := range a.Next {
-		for range letters {
-			a.Next[s] = append(a.Next[s], next(states))
-		}
-	}
-	return a
-}
 
 // anyPeriod returns an automaton whose letters lead from class to class, of so many classes.
 func anyPeriod(next func(int) int, classes, letters int) api.Auto {
@@ -41,12 +24,20 @@ func anyPeriod(next func(int) int, classes, letters int) api.Auto {
 	return a
 }
 
+// autos returns small automata of all kinds, and some of greater periods.
+func autos() []api.Auto {
+	list := slices.Collect(sample.SmallAutos())
+	next := sample.Numbers(3)
+	for range 300 {
+		list = append(list, anyPeriod(next, 1+next(4), 1+next(3)))
+	}
+	return list
+}
+
 func anyPerms(next func(int) int, states, letters int) [][]int {
 	perms := make([][]int, states)
 	for s := range perms {
-		for x := range letters {
-			perms[s] = slices.Insert(perms[s], next(x+1), x)
-		}
+		perms[s] = sample.Order(next, letters)
 	}
 	return perms
 }
@@ -58,41 +49,6 @@ func parse(t *testing.T, s string) api.Auto {
 		t.Fatal(s, e)
 	}
 	return a
-}
-
-// all calls try with every automaton of that many states and letters.
-func all(states, letters int, try func(a api.Auto)) {
-	count := 1
-	for range states * letters {
-		count *= states
-	}
-	for code := range count {
-		a := api.Auto{Next: make([][]int, states)}
-		for s := range a.Next {
-			for range letters {
-				a.Next[s] = append(a.Next[s], code%states)
-				code /= states
-			}
-		}
-		try(a)
-	}
-}
-
-// some calls try with small automata of all kinds.
-func some(try func(a api.Auto)) {
-	all(1, 2, try)
-	all(2, 2, try)
-	all(3, 2, try)
-	all(4, 1, try)
-	next := sequence(1)
-	for range 300 {
-		try(anyAuto(next, 1+next(7), 1+next(3)))
-		try(anyPeriod(next, 1+next(4), 1+next(3)))
-	}
-}
-
-func invalid() []api.Auto {
-	return []api.Auto{{}, {Next: [][]int{{}}}, {Next: [][]int{{1}}}, {Next: [][]int{{0}, {0, 0}}}, anyAuto(sequence(2), 61, 1)}
 }
 
 // colourings calls try with all colourings, some of them many times.
@@ -137,7 +93,7 @@ func checkRoad(t *testing.T, a api.Auto) {
 
 func TestForm(t *testing.T) {
 	good := api.Auto{Next: [][]int{{0}}}
-	for _, a := range invalid() {
+	for _, a := range sample.InvalidAutos() {
 		if b, e := Colored(a, nil); b.Next != nil || e != api.ErrForm {
 			t.Error("Colored", a, e)
 		}
@@ -157,8 +113,8 @@ func TestForm(t *testing.T) {
 }
 
 func TestColored(t *testing.T) {
-	next := sequence(4)
-	some(func(a api.Auto) {
+	next := sample.Numbers(4)
+	for _, a := range autos() {
 		perms := anyPerms(next, len(a.Next), len(a.Next[0]))
 		b, e := Colored(a, perms)
 		if e != api.OK {
@@ -171,7 +127,7 @@ func TestColored(t *testing.T) {
 				}
 			}
 		}
-	})
+	}
 	a := parse(t, "1.0 0.1")
 	for _, perms := range [][][]int{nil, {{0, 1}}, {{0, 1}, {0}}, {{0, 1}, {0, 0}}, {{0, 1}, {0, 2}}, {{-1, 0}, {0, 1}}, {{0, 1}, {0, 1, 1}}, {{0, 1}, {0, 1}, {0, 1}}} {
 		if b, e := Colored(a, perms); b.Next != nil || e != api.ErrArg {
@@ -181,17 +137,17 @@ func TestColored(t *testing.T) {
 }
 
 func TestSame(t *testing.T) { // P5.3
-	all(2, 2, func(a api.Auto) {
-		all(2, 2, func(b api.Auto) {
+	for a := range sample.AllAutos(2, 2) {
+		for b := range sample.AllAutos(2, 2) {
 			want := false
 			colourings(a, func(c api.Auto) { want = want || reflect.DeepEqual(b, c) })
 			if same, e := Same(a, b); same != want || e != api.OK {
 				t.Fatal(a, b, same, e)
 			}
-		})
-	})
-	next := sequence(5)
-	some(func(a api.Auto) {
+		}
+	}
+	next := sample.Numbers(5)
+	for _, a := range autos() {
 		b, _ := Colored(a, anyPerms(next, len(a.Next), len(a.Next[0])))
 		c, _ := Colored(b, anyPerms(next, len(a.Next), len(a.Next[0])))
 		for _, pair := range [][2]api.Auto{{a, a}, {a, b}, {b, a}, {a, c}, {c, a}} {
@@ -203,7 +159,7 @@ func TestSame(t *testing.T) { // P5.3
 		if same, e := Same(a, d); same || e != api.OK {
 			t.Fatal(a, d)
 		}
-	})
+	}
 	for _, pair := range [][2]string{{"0", "0.0"}, {"0.0 1.1", "0.1 0.1"}, {"0.0.1 0.0.0", "0.1.1 0.0.0"}, {"0", "0 1"}} {
 		if same, e := Same(parse(t, pair[0]), parse(t, pair[1])); same || e != api.OK {
 			t.Error(pair)
@@ -212,8 +168,8 @@ func TestSame(t *testing.T) { // P5.3
 }
 
 func TestAlike(t *testing.T) { // P5.3
-	some(func(a api.Auto) {
-		b, _ := Colored(a, anyPerms(sequence(6), len(a.Next), len(a.Next[0])))
+	for _, a := range autos() {
+		b, _ := Colored(a, anyPerms(sample.Numbers(6), len(a.Next), len(a.Next[0])))
 		connected, _ := net.Connected(a)
 		period, e := net.Period(a)
 		if c, _ := net.Connected(b); c != connected {
@@ -222,13 +178,13 @@ func TestAlike(t *testing.T) { // P5.3
 		if p, f := net.Period(b); p != period || f != e {
 			t.Fatal(a, b, period, p)
 		}
-	})
+	}
 }
 
 func TestColorings(t *testing.T) {
-	some(func(a api.Auto) {
+	for _, a := range autos() {
 		if len(a.Next) > 4 {
-			return
+			continue
 		}
 		seen := map[string]bool{}
 		colourings(a, func(b api.Auto) {
@@ -247,7 +203,7 @@ func TestColorings(t *testing.T) {
 		if !reflect.DeepEqual(seen, ranged) {
 			t.Fatal(a, len(seen), len(ranged))
 		}
-	})
+	}
 }
 
 func TestManyColorings(t *testing.T) {
@@ -284,7 +240,7 @@ func TestManyColorings(t *testing.T) {
 
 func TestRoad(t *testing.T) { // P5.1
 	roads := 0
-	some(func(a api.Auto) {
+	for _, a := range autos() {
 		period, e := net.Period(a)
 		switch {
 		case period == 1:
@@ -299,18 +255,18 @@ func TestRoad(t *testing.T) { // P5.1
 				t.Fatal(a, e)
 			}
 		}
-	})
+	}
 	if roads < 100 {
 		t.Error(roads)
 	}
 }
 
 func TestPeriods(t *testing.T) { // P5.2
-	next := sequence(7)
-	some(func(a api.Auto) {
+	next := sample.Numbers(7)
+	for _, a := range autos() {
 		period, e := net.Period(a)
 		if e != api.OK {
-			return
+			continue
 		}
 		b, _ := Colored(a, anyPerms(next, len(a.Next), len(a.Next[0])))
 		word := make([]int, 50)
@@ -320,7 +276,7 @@ func TestPeriods(t *testing.T) { // P5.2
 		if image, _ := auto.Image(b, sets.Below(len(a.Next)).List(), word); len(image) < period {
 			t.Fatal(b, word, period)
 		}
-	})
+	}
 }
 
 // Networks with a plan, whose first numbering has no reset word: its letters permute the states, or classes of them.
@@ -366,9 +322,9 @@ func TestDoubling(t *testing.T) {
 }
 
 func TestLargeRoads(t *testing.T) {
-	next := sequence(8)
+	next := sample.Numbers(8)
 	for range 10 {
-		a := anyAuto(next, 60, 2+next(5))
+		a := sample.Auto(next, 60, 2+next(5))
 		for s := range a.Next {
 			a.Next[s][0] = (s + 1) % 60
 		}

@@ -7,40 +7,10 @@ import (
 	"mizmaze/api"
 	"mizmaze/auto"
 	"mizmaze/reset"
+	"mizmaze/sample"
 	"mizmaze/sets"
 	"mizmaze/short"
 )
-
-// sequence returns a function whose results, less than n, look irregular but are the same in each run.
-func sequence(seed uint64) func(n int) int {
-	return func(n int) int {
-		seed = seed*6364136223846793005 + 1442695040888963407
-		return int(seed>>33) % n
-	}
-}
-
-func anyAuto(next func(int) int, states, letters int) api.Auto {
-	a := api.Auto{Next: make([][]int, states)}
-	for s := range a.Next {
-		for range letters {
-			a.Next[s] = append(a.Next[s], next(states))
-		}
-	}
-	return a
-}
-
-// anyEulerian returns an Eulerian automaton: its elements are a mixture in which each state occurs equally often.
-func anyEulerian(next func(int) int, states, letters int) api.Auto {
-	var all []int
-	for i := range states * letters {
-		all = slices.Insert(all, next(i+1), i%states)
-	}
-	var a api.Auto
-	for s := range states {
-		a.Next = append(a.Next, slices.Clone(all[s*letters:(s+1)*letters]))
-	}
-	return a
-}
 
 func parse(t *testing.T, s string) api.Auto {
 	t.Helper()
@@ -49,37 +19,6 @@ func parse(t *testing.T, s string) api.Auto {
 		t.Fatal(s, e)
 	}
 	return a
-}
-
-// all calls try with every automaton of that many states and letters.
-func all(states, letters int, try func(a api.Auto)) {
-	count := 1
-	for range states * letters {
-		count *= states
-	}
-	for code := range count {
-		a := api.Auto{Next: make([][]int, states)}
-		for s := range a.Next {
-			for range letters {
-				a.Next[s] = append(a.Next[s], code%states)
-				code /= states
-			}
-		}
-		try(a)
-	}
-}
-
-// some calls try with small automata of all kinds.
-func some(try func(a api.Auto)) {
-	all(1, 2, try)
-	all(2, 2, try)
-	all(3, 2, try)
-	all(4, 1, try)
-	next := sequence(1)
-	for range 200 {
-		try(anyAuto(next, 1+next(7), 1+next(3)))
-		try(anyEulerian(next, 1+next(7), 1+next(3)))
-	}
 }
 
 // firstExtension tries all words of up to most letters in order, shorter ones first.
@@ -106,7 +45,7 @@ func firstExtension(a api.Auto, set []int, most int) ([]int, bool) {
 }
 
 func TestForm(t *testing.T) {
-	for _, a := range []api.Auto{{}, {Next: [][]int{{}}}, {Next: [][]int{{1}}}, {Next: [][]int{{0}, {0, 0}}}, anyAuto(sequence(2), 61, 1)} {
+	for _, a := range sample.InvalidAutos() {
 		if ok, e := Eulerian(a); ok || e != api.ErrForm {
 			t.Error("Eulerian", a, e)
 		}
@@ -123,7 +62,7 @@ func TestForm(t *testing.T) {
 }
 
 func TestEulerian(t *testing.T) {
-	some(func(a api.Auto) {
+	for a := range sample.SmallAutos() {
 		want := true
 		for s := range a.Next {
 			times := 0
@@ -139,14 +78,14 @@ func TestEulerian(t *testing.T) {
 		if ok, e := Eulerian(a); ok != want || e != api.OK {
 			t.Fatal(a, ok, e)
 		}
-	})
-	if ok, e := Eulerian(anyEulerian(sequence(3), 60, 6)); !ok || e != api.OK {
+	}
+	if ok, e := Eulerian(sample.Eulerian(sample.Numbers(3), 60, 6)); !ok || e != api.OK {
 		t.Error(ok, e)
 	}
 }
 
 func TestCircular(t *testing.T) {
-	some(func(a api.Auto) {
+	for a := range sample.SmallAutos() {
 		want := -1
 		for x := range slices.Backward(a.Next[0]) {
 			// In a cycle through all n states, and in nothing else, the first power that leads back to a state is the n-th, for all states.
@@ -165,13 +104,13 @@ func TestCircular(t *testing.T) {
 		if want >= 0 && (x != want || e != api.OK) || want < 0 && (x != 0 || e != api.ErrNone) {
 			t.Fatal(a, x, want, e)
 		}
-	})
+	}
 }
 
 func TestExtend(t *testing.T) {
-	some(func(a api.Auto) {
+	for a := range sample.SmallAutos() {
 		if len(a.Next) > 5 {
-			return
+			continue
 		}
 		for bits := range 1 << len(a.Next) {
 			set := sets.Set(bits).List()
@@ -184,7 +123,7 @@ func TestExtend(t *testing.T) {
 				t.Fatal(a, set, word, e)
 			}
 		}
-	})
+	}
 }
 
 func TestExtendErrors(t *testing.T) {
@@ -194,7 +133,7 @@ func TestExtendErrors(t *testing.T) {
 			t.Error(set, w, e)
 		}
 	}
-	big := anyAuto(sequence(4), 13, 2)
+	big := sample.Auto(sample.Numbers(4), 13, 2)
 	if w, e := Extend(big, []int{13}); w != nil || e != api.ErrArg {
 		t.Error(w, e)
 	}
@@ -206,16 +145,16 @@ func TestExtendErrors(t *testing.T) {
 			t.Error(set, w, e)
 		}
 	}
-	if w, e := Extend(anyAuto(sequence(4), 12, 6), []int{0, 5}); len(w) == 0 || e != api.OK {
+	if w, e := Extend(sample.Auto(sample.Numbers(4), 12, 6), []int{0, 5}); len(w) == 0 || e != api.OK {
 		t.Error(w, e)
 	}
 }
 
 func TestKari(t *testing.T) { // P6.1
-	next := sequence(5)
+	next := sample.Numbers(5)
 	found := 0
 	for range 500 {
-		a := anyEulerian(next, 2+next(6), 2+next(2))
+		a := sample.Eulerian(next, 2+next(6), 2+next(2))
 		if apart, _ := reset.Apart(a); len(apart) > 0 {
 			continue
 		}
@@ -233,14 +172,14 @@ func TestKari(t *testing.T) { // P6.1
 }
 
 func TestBound(t *testing.T) { // P6.2
-	some(func(a api.Auto) {
+	for a := range sample.SmallAutos() {
 		bound, e := Bound(a)
 		word, se := short.Shortest(a)
 		if se == api.ErrNone {
 			if bound != 0 || e != api.ErrNone {
 				t.Fatal(a, bound, e)
 			}
-			return
+			continue
 		}
 		n := len(a.Next)
 		want := (n*n*n - n) / 6
@@ -253,7 +192,7 @@ func TestBound(t *testing.T) { // P6.2
 		if bound != want || e != api.OK || len(word) > bound {
 			t.Fatal(a, bound, want, e, word)
 		}
-	})
+	}
 	for n := 2; n <= api.MaxSmall; n++ {
 		a, _ := short.Cerny(n)
 		if b, e := Bound(a); b != (n-1)*(n-1) || e != api.OK {
@@ -263,7 +202,7 @@ func TestBound(t *testing.T) { // P6.2
 }
 
 func TestAverage(t *testing.T) { // P6.3
-	some(func(a api.Auto) {
+	for a := range sample.SmallAutos() {
 		ok, _ := Eulerian(a)
 		exact := true
 		for bits := range 1 << len(a.Next) {
@@ -278,7 +217,7 @@ func TestAverage(t *testing.T) { // P6.3
 		if ok != exact {
 			t.Fatal(a, ok, exact)
 		}
-	})
+	}
 }
 
 func TestExamples(t *testing.T) {

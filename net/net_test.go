@@ -8,25 +8,8 @@ import (
 
 	"mizmaze/api"
 	"mizmaze/auto"
+	"mizmaze/sample"
 )
-
-// sequence returns a function whose results, less than n, look irregular but are the same in each run.
-func sequence(seed uint64) func(n int) int {
-	return func(n int) int {
-		seed = seed*6364136223846793005 + 1442695040888963407
-		return int(seed>>33) % n
-	}
-}
-
-func anyAuto(next func(int) int, states, letters int) api.Auto {
-	a := api.Auto{Next: make([][]int, states)}
-	for s := range a.Next {
-		for range letters {
-			a.Next[s] = append(a.Next[s], next(states))
-		}
-	}
-	return a
-}
 
 func parse(t *testing.T, s string) api.Auto {
 	t.Helper()
@@ -37,38 +20,14 @@ func parse(t *testing.T, s string) api.Auto {
 	return a
 }
 
-// all calls try with every automaton of that many states and letters.
-func all(states, letters int, try func(a api.Auto)) {
-	count := 1
-	for range states * letters {
-		count *= states
-	}
-	for code := range count {
-		a := api.Auto{Next: make([][]int, states)}
-		for s := range a.Next {
-			for range letters {
-				a.Next[s] = append(a.Next[s], code%states)
-				code /= states
-			}
-		}
-		try(a)
-	}
-}
-
-// some calls try with small automata of all kinds, and with large ones.
-func some(try func(a api.Auto)) {
-	all(1, 2, try)
-	all(2, 2, try)
-	all(3, 2, try)
-	all(4, 1, try)
-	next := sequence(1)
-	for range 200 {
-		try(anyAuto(next, 1+next(8), 1+next(3)))
-	}
+// autos returns small automata of all kinds, and large ones.
+func autos() []api.Auto {
+	list := slices.Collect(sample.SmallAutos())
+	next := sample.Numbers(3)
 	for range 5 {
-		try(anyAuto(next, 60, 6))
-		try(anyAuto(next, 60, 1))
+		list = append(list, sample.Auto(next, 60, 6), sample.Auto(next, 60, 1), sample.Eulerian(next, 60, 2))
 	}
+	return list
 }
 
 // after returns for each state and each number of letters, up to most, the states to which words of that length lead.
@@ -116,7 +75,7 @@ func strong(reach [][]bool) bool {
 }
 
 func TestForm(t *testing.T) {
-	for _, a := range []api.Auto{{}, {Next: [][]int{{}}}, {Next: [][]int{{1}}}, {Next: [][]int{{0}, {0, 0}}}} {
+	for _, a := range sample.InvalidAutos() {
 		if ok, e := Connected(a); ok || e != api.ErrForm {
 			t.Error("Connected", a, e)
 		}
@@ -136,17 +95,17 @@ func TestForm(t *testing.T) {
 }
 
 func TestConnected(t *testing.T) {
-	some(func(a api.Auto) {
+	for _, a := range autos() {
 		if ok, e := Connected(a); ok != strong(closure(a)) || e != api.OK {
 			t.Fatal(a, ok, e)
 		}
-	})
+	}
 }
 
 func TestPath(t *testing.T) {
-	some(func(a api.Auto) {
+	for _, a := range autos() {
 		if len(a.Next) > 8 {
-			return
+			continue
 		}
 		for s := range a.Next {
 			levels := after(a, s, len(a.Next))
@@ -154,7 +113,7 @@ func TestPath(t *testing.T) {
 				checkPath(t, a, s, q, levels)
 			}
 		}
-	})
+	}
 }
 
 // checkPath compares a path with the first word, in order, of the least length that leads there.
@@ -202,7 +161,7 @@ func TestPathArguments(t *testing.T) {
 }
 
 func TestSinks(t *testing.T) { // P2.3
-	some(func(a api.Auto) {
+	for _, a := range autos() {
 		reach := closure(a)
 		sinks, e := Sinks(a)
 		if e != api.OK || len(sinks) == 0 {
@@ -234,12 +193,12 @@ func TestSinks(t *testing.T) { // P2.3
 				t.Fatal(a, sinks, s)
 			}
 		}
-	})
+	}
 }
 
 func TestOneSink(t *testing.T) { // P2.4
 	found := 0
-	all(3, 2, func(a api.Auto) {
+	for a := range sample.AllAutos(3, 2) {
 		for code := range 1 << 4 {
 			word := []int{code & 1, code >> 1 & 1, code >> 2 & 1, code >> 3 & 1}
 			image, _ := auto.Image(a, []int{0, 1, 2}, word)
@@ -251,21 +210,21 @@ func TestOneSink(t *testing.T) { // P2.4
 				t.Fatal(a, word, sinks)
 			}
 		}
-	})
+	}
 	if found == 0 {
 		t.Error("no reset word")
 	}
 }
 
 func TestPeriod(t *testing.T) { // P2.1
-	some(func(a api.Auto) {
+	for _, a := range autos() {
 		period, e := Period(a)
 		classes, ce := Classes(a)
 		if !strong(closure(a)) {
 			if period != 0 || e != api.ErrArg || classes != nil || ce != api.ErrArg {
 				t.Fatal(a, period, e, classes, ce)
 			}
-			return
+			continue
 		}
 		if e != api.OK || ce != api.OK || len(classes) != len(a.Next) || classes[0] != 0 {
 			t.Fatal(a, period, e, classes, ce)
@@ -288,14 +247,14 @@ func TestPeriod(t *testing.T) { // P2.1
 		if divisor != period {
 			t.Fatal(a, period, divisor)
 		}
-	})
+	}
 }
 
 func TestEveryLength(t *testing.T) { // P2.2
 	found := 0
-	some(func(a api.Auto) {
+	for _, a := range autos() {
 		if period, _ := Period(a); period != 1 {
-			return
+			continue
 		}
 		found++
 		n := len(a.Next)
@@ -306,7 +265,7 @@ func TestEveryLength(t *testing.T) { // P2.2
 				}
 			}
 		}
-	})
+	}
 	if found < 10 {
 		t.Error(found)
 	}

@@ -7,26 +7,9 @@ import (
 	"mizmaze/api"
 	"mizmaze/auto"
 	"mizmaze/net"
+	"mizmaze/sample"
 	"mizmaze/sets"
 )
-
-// sequence returns a function whose results, less than n, look irregular but are the same in each run.
-func sequence(seed uint64) func(n int) int {
-	return func(n int) int {
-		seed = seed*6364136223846793005 + 1442695040888963407
-		return int(seed>>33) % n
-	}
-}
-
-func anyAuto(next func(int) int, states, letters int) api.Auto {
-	a := api.Auto{Next: make([][]int, states)}
-	for s := range a.Next {
-		for range letters {
-			a.Next[s] = append(a.Next[s], next(states))
-		}
-	}
-	return a
-}
 
 func parse(t *testing.T, s string) api.Auto {
 	t.Helper()
@@ -35,36 +18,6 @@ func parse(t *testing.T, s string) api.Auto {
 		t.Fatal(s, e)
 	}
 	return a
-}
-
-// all calls try with every automaton of that many states and letters.
-func all(states, letters int, try func(a api.Auto)) {
-	count := 1
-	for range states * letters {
-		count *= states
-	}
-	for code := range count {
-		a := api.Auto{Next: make([][]int, states)}
-		for s := range a.Next {
-			for range letters {
-				a.Next[s] = append(a.Next[s], code%states)
-				code /= states
-			}
-		}
-		try(a)
-	}
-}
-
-// some calls try with small automata of all kinds.
-func some(try func(a api.Auto)) {
-	all(1, 2, try)
-	all(2, 2, try)
-	all(3, 2, try)
-	all(4, 1, try)
-	next := sequence(1)
-	for range 300 {
-		try(anyAuto(next, 1+next(7), 1+next(3)))
-	}
 }
 
 // cerny returns the automaton that needs the longest words: letter 0 leads around, letter 1 from the last state to 0.
@@ -123,7 +76,7 @@ func checkReset(t *testing.T, a api.Auto, word []int, e api.Errno) {
 }
 
 func TestForm(t *testing.T) {
-	for _, a := range []api.Auto{{}, {Next: [][]int{{}}}, {Next: [][]int{{1}}}, {Next: [][]int{{0}, {0, 0}}}} {
+	for _, a := range sample.InvalidAutos() {
 		if w, e := Merge(a, -1, 0); w != nil || e != api.ErrForm {
 			t.Error("Merge", a, e)
 		}
@@ -146,9 +99,9 @@ func TestMergeArguments(t *testing.T) {
 }
 
 func TestMerge(t *testing.T) { // P3.4
-	some(func(a api.Auto) {
+	for a := range sample.SmallAutos() {
 		if len(a.Next) > 4 {
-			return
+			continue
 		}
 		for p := range a.Next {
 			for q := range a.Next {
@@ -159,7 +112,7 @@ func TestMerge(t *testing.T) { // P3.4
 				}
 			}
 		}
-	})
+	}
 }
 
 func TestMergeOne(t *testing.T) { // a state with itself: the empty word
@@ -169,7 +122,7 @@ func TestMergeOne(t *testing.T) { // a state with itself: the empty word
 }
 
 func TestReset(t *testing.T) { // P3.1
-	some(func(a api.Auto) {
+	for a := range sample.SmallAutos() {
 		apart, ae := Apart(a)
 		word, e := Reset(a)
 		if ae != api.OK || (len(apart) == 0) != resets(a) {
@@ -180,11 +133,11 @@ func TestReset(t *testing.T) { // P3.1
 		} else if word != nil || e != api.ErrNone {
 			t.Fatal(a, word, e)
 		}
-	})
+	}
 }
 
 func TestApart(t *testing.T) { // P3.2
-	some(func(a api.Auto) {
+	for a := range sample.SmallAutos() {
 		apart, _ := Apart(a)
 		for i, pair := range apart {
 			if pair[0] >= pair[1] || i > 0 && slices.Compare(apart[i-1][:], pair[:]) >= 0 {
@@ -204,15 +157,15 @@ func TestApart(t *testing.T) { // P3.2
 				}
 			}
 		}
-	})
+	}
 }
 
 func TestMoreLetters(t *testing.T) { // P3.3
-	next := sequence(3)
-	some(func(a api.Auto) {
+	next := sample.Numbers(3)
+	for a := range sample.SmallAutos() {
 		word, e := Reset(a)
 		if e != api.OK {
-			return
+			continue
 		}
 		whole := slices.Concat([]int{next(len(a.Next[0]))}, word, []int{next(len(a.Next[0]))})
 		if image, _ := auto.Image(a, sets.Below(len(a.Next)).List(), whole); len(image) != 1 {
@@ -223,15 +176,15 @@ func TestMoreLetters(t *testing.T) { // P3.3
 		if sinks, _ := net.Sinks(a); len(sinks) != 1 || !slices.Contains(sinks[0], end) {
 			t.Fatal(a, whole, sinks)
 		}
-	})
+	}
 }
 
 func TestLarge(t *testing.T) {
 	word, e := Reset(cerny(60))
 	checkReset(t, cerny(60), word, e)
-	next := sequence(5)
+	next := sample.Numbers(5)
 	for range 5 {
-		a := anyAuto(next, 60, 6)
+		a := sample.Auto(next, 60, 6)
 		word, e := Reset(a)
 		checkReset(t, a, word, e)
 	}

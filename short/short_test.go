@@ -7,26 +7,9 @@ import (
 	"mizmaze/api"
 	"mizmaze/auto"
 	"mizmaze/reset"
+	"mizmaze/sample"
 	"mizmaze/sets"
 )
-
-// sequence returns a function whose results, less than n, look irregular but are the same in each run.
-func sequence(seed uint64) func(n int) int {
-	return func(n int) int {
-		seed = seed*6364136223846793005 + 1442695040888963407
-		return int(seed>>33) % n
-	}
-}
-
-func anyAuto(next func(int) int, states, letters int) api.Auto {
-	a := api.Auto{Next: make([][]int, states)}
-	for s := range a.Next {
-		for range letters {
-			a.Next[s] = append(a.Next[s], next(states))
-		}
-	}
-	return a
-}
 
 func parse(t *testing.T, s string) api.Auto {
 	t.Helper()
@@ -35,36 +18,6 @@ func parse(t *testing.T, s string) api.Auto {
 		t.Fatal(s, e)
 	}
 	return a
-}
-
-// all calls try with every automaton of that many states and letters.
-func all(states, letters int, try func(a api.Auto)) {
-	count := 1
-	for range states * letters {
-		count *= states
-	}
-	for code := range count {
-		a := api.Auto{Next: make([][]int, states)}
-		for s := range a.Next {
-			for range letters {
-				a.Next[s] = append(a.Next[s], code%states)
-				code /= states
-			}
-		}
-		try(a)
-	}
-}
-
-// some calls try with small automata of all kinds.
-func some(try func(a api.Auto)) {
-	all(1, 2, try)
-	all(2, 2, try)
-	all(3, 2, try)
-	all(4, 1, try)
-	next := sequence(1)
-	for range 300 {
-		try(anyAuto(next, 1+next(5), 1+next(3)))
-	}
 }
 
 // firstWord tries all words of up to most letters in order, shorter ones first, until one leads from all states to at most size states.
@@ -90,7 +43,7 @@ func firstWord(a api.Auto, size, most int) ([]int, bool) {
 }
 
 func TestErrors(t *testing.T) {
-	for _, a := range []api.Auto{{}, {Next: [][]int{{}}}, {Next: [][]int{{1}}}, {Next: [][]int{{0}, {0, 0}}}, anyAuto(sequence(2), 61, 1)} {
+	for _, a := range sample.InvalidAutos() {
 		if w, e := Shortest(a); w != nil || e != api.ErrForm {
 			t.Error("Shortest", a, e)
 		}
@@ -99,7 +52,7 @@ func TestErrors(t *testing.T) {
 		}
 	}
 	for _, n := range []int{13, 60} {
-		a := anyAuto(sequence(3), n, 2)
+		a := sample.Auto(sample.Numbers(3), n, 2)
 		if w, e := Shortest(a); w != nil || e != api.ErrSize {
 			t.Error("Shortest", e)
 		}
@@ -115,28 +68,28 @@ func TestErrors(t *testing.T) {
 }
 
 func TestShortest(t *testing.T) { // P4.1
-	some(func(a api.Auto) {
+	for a := range sample.SmallAutos() {
 		word, e := Shortest(a)
 		if apart, _ := reset.Apart(a); len(apart) > 0 {
 			if word != nil || e != api.ErrNone {
 				t.Fatal(a, word, e)
 			}
-			return
+			continue
 		}
 		if e != api.OK || len(word) > 9 {
 			if image, _ := auto.Image(a, sets.Below(len(a.Next)).List(), word); e != api.OK || len(image) != 1 {
 				t.Fatal(a, word, e)
 			}
-			return
+			continue
 		}
 		if want, ok := firstWord(a, 1, len(word)); !ok || !slices.Equal(word, want) {
 			t.Fatal(a, word, want)
 		}
-	})
+	}
 }
 
 func TestRank(t *testing.T) { // P4.2
-	some(func(a api.Auto) {
+	for a := range sample.SmallAutos() {
 		rank, word, e := Rank(a)
 		apart, _ := reset.Apart(a)
 		image, _ := auto.Image(a, sets.Below(len(a.Next)).List(), word)
@@ -149,7 +102,7 @@ func TestRank(t *testing.T) { // P4.2
 		if want, ok := firstWord(a, rank, min(len(word), 9)); ok != (len(word) <= 9) || ok && !slices.Equal(word, want) {
 			t.Fatal(a, rank, word, want)
 		}
-	})
+	}
 }
 
 func TestCerny(t *testing.T) { // P4.3
@@ -175,10 +128,10 @@ func TestCerny(t *testing.T) { // P4.3
 func TestSmall(t *testing.T) { // P4.4
 	for n := 1; n <= 4; n++ {
 		longest := 0
-		all(n, 2, func(a api.Auto) {
+		for a := range sample.AllAutos(n, 2) {
 			word, _ := Shortest(a)
 			longest = max(longest, len(word))
-		})
+		}
 		if longest != (n-1)*(n-1) {
 			t.Error(n, longest)
 		}
@@ -186,7 +139,7 @@ func TestSmall(t *testing.T) { // P4.4
 }
 
 func TestLargest(t *testing.T) {
-	a := anyAuto(sequence(4), api.MaxSmall, api.MaxLetters)
+	a := sample.Auto(sample.Numbers(4), api.MaxSmall, api.MaxLetters)
 	word, e := Shortest(a)
 	if image, _ := auto.Image(a, sets.Below(api.MaxSmall).List(), word); len(image) != 1 || e != api.OK {
 		t.Error(word, e)

@@ -1,4 +1,4 @@
-// Package sample makes automata and words for the tests; the program itself does not use it.
+// Package sample makes automata, machines and words for the tests; the program itself does not use it.
 package sample
 
 import (
@@ -104,6 +104,97 @@ func InvalidAutos() []api.Auto {
 		Auto(next, 61, 1),
 		Auto(next, 3, 7),
 	}
+}
+
+// Mealy returns some machine with so many outputs.
+func Mealy(next func(int) int, states, letters, outs int) api.Mealy {
+	return api.Mealy{Next: table(next, states, letters, states), Out: table(next, states, letters, outs)}
+}
+
+// Unfolded returns a machine each of whose states is equivalent to one of m: state s to state s modulo the states of m.
+func Unfolded(next func(int) int, m api.Mealy, states int) api.Mealy {
+	var big api.Mealy
+	n := len(m.Next)
+	for s := range states {
+		var row []int
+		for _, t := range m.Next[s%n] {
+			row = append(row, t+n*next((states-t+n-1)/n))
+		}
+		big.Next = append(big.Next, row)
+		big.Out = append(big.Out, slices.Clone(m.Out[s%n]))
+	}
+	return big
+}
+
+// SmallMachines ranges over all the smallest machines, and some others.
+func SmallMachines() iter.Seq[api.Mealy] {
+	return func(yield func(api.Mealy) bool) {
+		for _, size := range [][2]int{{1, 2}, {2, 1}, {2, 2}, {3, 1}} {
+			for a := range AllAutos(size[0], size[1]) {
+				for code := range 1 << (size[0] * size[1]) {
+					bit := func(int) int {
+						b := code % 2
+						code /= 2
+						return b
+					}
+					if !yield(api.Mealy{Next: a.Next, Out: table(bit, size[0], size[1], 2)}) {
+						return
+					}
+				}
+			}
+		}
+		next := Numbers(5)
+		for range 150 {
+			m := Mealy(next, 1+next(7), 1+next(3), 1+next(3))
+			if !yield(m) || !yield(Mealy(next, 2+next(6), 1+next(2), 2)) || !yield(Unfolded(next, m, len(m.Next)+next(4))) {
+				return
+			}
+		}
+	}
+}
+
+// LargeMachines returns machines of MaxStates states: irregular ones, one whose states are all equivalent, and one whose
+// states are told apart by long words only.
+func LargeMachines() []api.Mealy {
+	next := Numbers(6)
+	counter := api.Mealy{}
+	for s := range api.MaxStates {
+		counter.Next = append(counter.Next, []int{max(s-1, 0), s})
+		counter.Out = append(counter.Out, []int{0, 0})
+	}
+	counter.Out[0][0] = 1
+	return []api.Mealy{
+		Mealy(next, api.MaxStates, api.MaxLetters, api.MaxOuts),
+		Mealy(next, api.MaxStates, 2, 2),
+		Mealy(next, api.MaxStates, api.MaxLetters, 1),
+		Unfolded(next, Mealy(next, 20, 3, 2), api.MaxStates),
+		counter,
+	}
+}
+
+// InvalidMachines returns machines that are not valid.
+func InvalidMachines() []api.Mealy {
+	next := Numbers(7)
+	machines := []api.Mealy{
+		{},
+		{Next: [][]int{{0}}},
+		{Out: [][]int{{0}}},
+		{Next: [][]int{{0}}, Out: [][]int{{}}},
+		{Next: [][]int{{0}}, Out: [][]int{{0, 0}}},
+		{Next: [][]int{{0}}, Out: [][]int{{0}, {0}}},
+		{Next: [][]int{{0}, {1}}, Out: [][]int{{0}}},
+		{Next: [][]int{{0, 0}, {0, 1}}, Out: [][]int{{0, 0}, {0}}},
+		{Next: [][]int{{0}}, Out: [][]int{{-1}}},
+		{Next: [][]int{{0}}, Out: [][]int{{api.MaxOuts}}},
+	}
+	for _, a := range InvalidAutos() {
+		letters := 0
+		if len(a.Next) > 0 {
+			letters = len(a.Next[0])
+		}
+		machines = append(machines, api.Mealy{Next: a.Next, Out: table(next, len(a.Next), letters, 2)})
+	}
+	return machines
 }
 
 func table(next func(int) int, rows, columns, limit int) [][]int {

@@ -126,20 +126,31 @@ func Unfolded(next func(int) int, m api.Mealy, states int) api.Mealy {
 	return big
 }
 
+// AllMachines ranges over every machine of that many states and letters with two outputs.
+func AllMachines(states, letters int) iter.Seq[api.Mealy] {
+	return func(yield func(api.Mealy) bool) {
+		for a := range AllAutos(states, letters) {
+			for code := range 1 << (states * letters) {
+				bit := func(int) int {
+					b := code % 2
+					code /= 2
+					return b
+				}
+				if !yield(api.Mealy{Next: a.Next, Out: table(bit, states, letters, 2)}) {
+					return
+				}
+			}
+		}
+	}
+}
+
 // SmallMachines ranges over all the smallest machines, and some others.
 func SmallMachines() iter.Seq[api.Mealy] {
 	return func(yield func(api.Mealy) bool) {
 		for _, size := range [][2]int{{1, 2}, {2, 1}, {2, 2}, {3, 1}} {
-			for a := range AllAutos(size[0], size[1]) {
-				for code := range 1 << (size[0] * size[1]) {
-					bit := func(int) int {
-						b := code % 2
-						code /= 2
-						return b
-					}
-					if !yield(api.Mealy{Next: a.Next, Out: table(bit, size[0], size[1], 2)}) {
-						return
-					}
+			for m := range AllMachines(size[0], size[1]) {
+				if !yield(m) {
+					return
 				}
 			}
 		}

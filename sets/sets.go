@@ -1,9 +1,9 @@
-// Package sets keeps sets of states as the bits of a number.
+// Package sets keeps sets of states, or of rooms, as the bits of a number.
 package sets
 
 import "math/bits"
 
-// Set is a set of states: api.MaxStates is less than 64, thus every state has a bit.
+// Set is a set of states or rooms: api.MaxStates and api.MaxRooms are less than 64, thus every one has a bit.
 type Set uint64
 
 // Below returns the set of all states less than n.
@@ -23,6 +23,11 @@ func Of(list []int) Set {
 // With returns the set with one more state.
 func (s Set) With(x int) Set {
 	return s | Set(1)<<x
+}
+
+// Without returns the set without a state.
+func (s Set) Without(x int) Set {
+	return s &^ (Set(1) << x)
 }
 
 // Has reports whether a state belongs to the set.

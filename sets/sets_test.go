@@ -16,6 +16,9 @@ func TestSets(t *testing.T) {
 	if l := s.With(5).With(7).List(); !slices.Equal(l, []int{0, 5, 7, 59}) {
 		t.Error(l)
 	}
+	if l := s.Without(5).Without(6).List(); !slices.Equal(l, []int{0, 59}) {
+		t.Error(l)
+	}
 	for x := range s.All {
 		if x == 5 {
 			break

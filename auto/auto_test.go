@@ -1,4 +1,4 @@
-package auto
+package auto_test
 
 import (
 	"reflect"
@@ -7,6 +7,7 @@ import (
 	"testing"
 
 	"mizmaze/api"
+	"mizmaze/auto"
 	"mizmaze/sample"
 	"mizmaze/sets"
 )
@@ -48,12 +49,12 @@ func TestValid(t *testing.T) {
 		sample.Auto(next, 60, 6),
 		{Next: [][]int{{1, 0}, {0, 0}}},
 	} {
-		if !Valid(a) {
+		if !auto.Valid(a) {
 			t.Error("not valid:", a)
 		}
 	}
 	for _, a := range sample.InvalidAutos() {
-		if Valid(a) {
+		if auto.Valid(a) {
 			t.Error("valid:", a)
 		}
 	}
@@ -62,22 +63,22 @@ func TestValid(t *testing.T) {
 // Every function refuses an automaton that is not valid before it looks at anything else.
 func TestForm(t *testing.T) {
 	for _, a := range sample.InvalidAutos() {
-		if s, e := Run(a, -1, []int{-1}); s != 0 || e != api.ErrForm {
+		if s, e := auto.Run(a, -1, []int{-1}); s != 0 || e != api.ErrForm {
 			t.Error("Run", a, e)
 		}
-		if l, e := Image(a, []int{-1}, nil); len(l) != 0 || e != api.ErrForm {
+		if l, e := auto.Image(a, []int{-1}, nil); len(l) != 0 || e != api.ErrForm {
 			t.Error("Image", a, e)
 		}
-		if l, e := Preimage(a, []int{-1}, nil); len(l) != 0 || e != api.ErrForm {
+		if l, e := auto.Preimage(a, []int{-1}, nil); len(l) != 0 || e != api.ErrForm {
 			t.Error("Preimage", a, e)
 		}
-		if b, e := Renamed(a, nil); b.Next != nil || e != api.ErrForm {
+		if b, e := auto.Renamed(a, nil); b.Next != nil || e != api.ErrForm {
 			t.Error("Renamed", a, e)
 		}
-		if b, e := Power(a, nil); b.Next != nil || e != api.ErrForm {
+		if b, e := auto.Power(a, nil); b.Next != nil || e != api.ErrForm {
 			t.Error("Power", a, e)
 		}
-		if s, e := Text(a); s != "" || e != api.ErrForm {
+		if s, e := auto.Text(a); s != "" || e != api.ErrForm {
 			t.Error("Text", a, e)
 		}
 	}
@@ -86,39 +87,39 @@ func TestForm(t *testing.T) {
 func TestArguments(t *testing.T) {
 	a := api.Auto{Next: [][]int{{1, 0}, {0, 0}}}
 	for _, s := range []int{-1, 2} {
-		if r, e := Run(a, s, nil); r != 0 || e != api.ErrArg {
+		if r, e := auto.Run(a, s, nil); r != 0 || e != api.ErrArg {
 			t.Error(s, e)
 		}
 	}
 	for _, word := range [][]int{{2}, {-1}, {0, 1, 2}, make([]int, api.MaxWord+1)} {
-		if _, e := Run(a, 0, word); e != api.ErrArg {
+		if _, e := auto.Run(a, 0, word); e != api.ErrArg {
 			t.Error("Run", e)
 		}
-		if _, e := Image(a, nil, word); e != api.ErrArg {
+		if _, e := auto.Image(a, nil, word); e != api.ErrArg {
 			t.Error("Image", e)
 		}
-		if _, e := Preimage(a, nil, word); e != api.ErrArg {
+		if _, e := auto.Preimage(a, nil, word); e != api.ErrArg {
 			t.Error("Preimage", e)
 		}
-		if _, e := Power(a, [][]int{{0}, word}); e != api.ErrArg {
+		if _, e := auto.Power(a, [][]int{{0}, word}); e != api.ErrArg {
 			t.Error("Power", e)
 		}
 	}
 	for _, set := range [][]int{{2}, {-1, 0}, {0, 0}, {1, 0}, {0, 1, 1}} {
-		if l, e := Image(a, set, nil); len(l) != 0 || e != api.ErrArg {
+		if l, e := auto.Image(a, set, nil); len(l) != 0 || e != api.ErrArg {
 			t.Error(set, e)
 		}
-		if l, e := Preimage(a, set, nil); len(l) != 0 || e != api.ErrArg {
+		if l, e := auto.Preimage(a, set, nil); len(l) != 0 || e != api.ErrArg {
 			t.Error(set, e)
 		}
 	}
 	for _, names := range [][]int{nil, {0}, {0, 0}, {1, 2}, {-1, 0}, {0, 1, 1}, {0, 1, 2}} {
-		if b, e := Renamed(a, names); b.Next != nil || e != api.ErrArg {
+		if b, e := auto.Renamed(a, names); b.Next != nil || e != api.ErrArg {
 			t.Error(names, e)
 		}
 	}
 	for _, words := range [][][]int{nil, {{}, {}, {}, {}, {}, {}, {}}} {
-		if b, e := Power(a, words); b.Next != nil || e != api.ErrArg {
+		if b, e := auto.Power(a, words); b.Next != nil || e != api.ErrArg {
 			t.Error(words, e)
 		}
 	}
@@ -132,16 +133,16 @@ func TestLongestWord(t *testing.T) {
 	for _, x := range word {
 		want = a.Next[want][x]
 	}
-	if s, e := Run(a, 17, word); s != want || e != api.OK {
+	if s, e := auto.Run(a, 17, word); s != want || e != api.OK {
 		t.Error(s, e)
 	}
-	if l, e := Image(a, all, word); !slices.Contains(l, want) || e != api.OK {
+	if l, e := auto.Image(a, all, word); !slices.Contains(l, want) || e != api.OK {
 		t.Error(l, e)
 	}
-	if l, e := Preimage(a, []int{want}, word); !slices.Contains(l, 17) || e != api.OK {
+	if l, e := auto.Preimage(a, []int{want}, word); !slices.Contains(l, 17) || e != api.OK {
 		t.Error(l, e)
 	}
-	if b, e := Power(a, [][]int{word, word, word, word, word, word}); b.Next[17][5] != want || e != api.OK {
+	if b, e := auto.Power(a, [][]int{word, word, word, word, word, word}); b.Next[17][5] != want || e != api.OK {
 		t.Error(e)
 	}
 }
@@ -151,9 +152,9 @@ func TestParts(t *testing.T) { // P1.1
 		letters := len(a.Next[0])
 		u, v := sample.Word(next, letters, next(5)), sample.Word(next, letters, next(5))
 		for s := range a.Next {
-			middle, _ := Run(a, s, u)
-			end, _ := Run(a, middle, v)
-			if whole, e := Run(a, s, slices.Concat(u, v)); whole != end || e != api.OK {
+			middle, _ := auto.Run(a, s, u)
+			end, _ := auto.Run(a, middle, v)
+			if whole, e := auto.Run(a, s, slices.Concat(u, v)); whole != end || e != api.OK {
 				t.Fatal(a, s, u, v, whole, end)
 			}
 		}
@@ -165,19 +166,19 @@ func TestSets(t *testing.T) { // P1.2
 		n := len(a.Next)
 		x, y := anySet(next, n), anySet(next, n)
 		word := sample.Word(next, len(a.Next[0]), next(5))
-		ix, ex := Image(a, x, word)
-		iy, _ := Image(a, y, word)
-		both, _ := Image(a, (sets.Of(x) | sets.Of(y)).List(), word)
+		ix, ex := auto.Image(a, x, word)
+		iy, _ := auto.Image(a, y, word)
+		both, _ := auto.Image(a, (sets.Of(x) | sets.Of(y)).List(), word)
 		if ex != api.OK || !slices.Equal(both, (sets.Of(ix)|sets.Of(iy)).List()) {
 			t.Fatal("union", a, x, y, word)
 		}
-		px, e := Preimage(a, x, word)
-		rest, _ := Preimage(a, (sets.Below(n) &^ sets.Of(x)).List(), word)
+		px, e := auto.Preimage(a, x, word)
+		rest, _ := auto.Preimage(a, (sets.Below(n) &^ sets.Of(x)).List(), word)
 		if e != api.OK || !slices.Equal(rest, (sets.Below(n)&^sets.Of(px)).List()) {
 			t.Fatal("complement", a, x, word)
 		}
 		for s := range n {
-			end, _ := Run(a, s, word)
+			end, _ := auto.Run(a, s, word)
 			if slices.Contains(px, s) != slices.Contains(x, end) {
 				t.Fatal("preimage", a, x, word, s)
 			}
@@ -199,14 +200,14 @@ func TestRenamed(t *testing.T) { // P1.3
 			names[s] = names[other]
 			names[other] = s
 		}
-		b, e := Renamed(a, names)
-		if e != api.OK || !Valid(b) {
+		b, e := auto.Renamed(a, names)
+		if e != api.OK || !auto.Valid(b) {
 			t.Fatal(a, names, e)
 		}
 		word := sample.Word(next, len(a.Next[0]), next(6))
 		for s := range a.Next {
-			old, _ := Run(a, s, word)
-			if r, _ := Run(b, names[s], word); r != names[old] {
+			old, _ := auto.Run(a, s, word)
+			if r, _ := auto.Run(b, names[s], word); r != names[old] {
 				t.Fatal(a, names, s, word)
 			}
 		}
@@ -219,8 +220,8 @@ func TestPower(t *testing.T) { // P1.4
 		for i := range words {
 			words[i] = sample.Word(next, len(a.Next[0]), next(4))
 		}
-		b, e := Power(a, words)
-		if e != api.OK || !Valid(b) || len(b.Next[0]) != len(words) {
+		b, e := auto.Power(a, words)
+		if e != api.OK || !auto.Valid(b) || len(b.Next[0]) != len(words) {
 			t.Fatal(a, words, e)
 		}
 		word := sample.Word(next, len(words), next(4))
@@ -229,8 +230,8 @@ func TestPower(t *testing.T) { // P1.4
 			whole = append(whole, words[i]...)
 		}
 		for s := range a.Next {
-			want, _ := Run(a, s, whole)
-			if r, _ := Run(b, s, word); r != want {
+			want, _ := auto.Run(a, s, whole)
+			if r, _ := auto.Run(b, s, word); r != want {
 				t.Fatal(a, words, s, word)
 			}
 		}
@@ -239,21 +240,21 @@ func TestPower(t *testing.T) { // P1.4
 
 func TestStrings(t *testing.T) { // P1.5
 	autos(func(a api.Auto, next func(int) int) {
-		s, e := Text(a)
+		s, e := auto.Text(a)
 		if e != api.OK {
 			t.Fatal(a, e)
 		}
-		if b, e := Parse(s); e != api.OK || !reflect.DeepEqual(a, b) {
+		if b, e := auto.Parse(s); e != api.OK || !reflect.DeepEqual(a, b) {
 			t.Fatal(s, b, e)
 		}
 		i := next(len(s))
 		changed := s[:i] + string("0123456789. -+x"[next(15)]) + s[i+1:]
-		b, e := Parse(changed)
-		if again, _ := Text(b); e == api.OK && again != changed || e != api.OK && (e != api.ErrParse || b.Next != nil) {
+		b, e := auto.Parse(changed)
+		if again, _ := auto.Text(b); e == api.OK && again != changed || e != api.OK && (e != api.ErrParse || b.Next != nil) {
 			t.Fatal(changed, b, e)
 		}
 	})
-	if s, e := Text(api.Auto{Next: [][]int{{1, 0}, {0, 0}}}); s != "1.0 0.0" || e != api.OK {
+	if s, e := auto.Text(api.Auto{Next: [][]int{{1, 0}, {0, 0}}}); s != "1.0 0.0" || e != api.OK {
 		t.Error(s, e)
 	}
 }
@@ -264,12 +265,12 @@ func TestParseRefuses(t *testing.T) {
 		"0,0", "0.0.0.0.0.0.0", "2.0 0.0", "0.-1", "0x0", "0.0\n", "99999999999999999999", "\u0660",
 		strings.Repeat("0 ", 60) + "0", strings.Repeat("0 ", 100000),
 	} {
-		if a, e := Parse(s); e != api.ErrParse || a.Next != nil {
+		if a, e := auto.Parse(s); e != api.ErrParse || a.Next != nil {
 			t.Errorf("%q: %v %d", s, a, e)
 		}
 	}
 	longest := strings.TrimSuffix(strings.Repeat("59.59.59.59.59.59 ", 60), " ")
-	if a, e := Parse(longest); e != api.OK || len(a.Next) != 60 {
+	if a, e := auto.Parse(longest); e != api.OK || len(a.Next) != 60 {
 		t.Error(e)
 	}
 }
@@ -279,12 +280,12 @@ func TestMemory(t *testing.T) {
 	a := api.Auto{Next: [][]int{{1, 0}, {0, 1}}}
 	before := clone(a)
 	set, word, names := []int{0, 1}, []int{0}, []int{1, 0}
-	image, _ := Image(a, set, nil)
-	preimage, _ := Preimage(a, set, nil)
-	renamed, _ := Renamed(a, []int{0, 1})
-	power, _ := Power(a, [][]int{{0}, {1}})
-	Renamed(a, names)
-	Power(a, [][]int{word, word})
+	image, _ := auto.Image(a, set, nil)
+	preimage, _ := auto.Preimage(a, set, nil)
+	renamed, _ := auto.Renamed(a, []int{0, 1})
+	power, _ := auto.Power(a, [][]int{{0}, {1}})
+	auto.Renamed(a, names)
+	auto.Power(a, [][]int{word, word})
 	image[0], preimage[0], renamed.Next[0][0], power.Next[0][0] = 9, 9, 9, 9
 	if !reflect.DeepEqual(a, before) || !slices.Equal(set, []int{0, 1}) || word[0] != 0 || names[0] != 1 {
 		t.Error(a, set, word, names)
@@ -298,13 +299,13 @@ func TestMemory(t *testing.T) {
 func TestNothing(t *testing.T) { // empty sets and words, nil or not (R4)
 	a := api.Auto{Next: [][]int{{0}}}
 	for _, empty := range [][]int{nil, {}} {
-		if l, e := Image(a, empty, empty); len(l) != 0 || e != api.OK {
+		if l, e := auto.Image(a, empty, empty); len(l) != 0 || e != api.OK {
 			t.Error(l, e)
 		}
-		if l, e := Preimage(a, empty, empty); len(l) != 0 || e != api.OK {
+		if l, e := auto.Preimage(a, empty, empty); len(l) != 0 || e != api.OK {
 			t.Error(l, e)
 		}
-		if s, e := Run(a, 0, empty); s != 0 || e != api.OK {
+		if s, e := auto.Run(a, 0, empty); s != 0 || e != api.OK {
 			t.Error(s, e)
 		}
 	}

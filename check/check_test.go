@@ -1,22 +1,14 @@
-package check
+package check_test
 
 import (
 	"slices"
 	"testing"
 
 	"mizmaze/api"
+	"mizmaze/check"
 	"mizmaze/mealy"
 	"mizmaze/sample"
 )
-
-func parse(t *testing.T, s string) api.Mealy {
-	t.Helper()
-	m, e := mealy.Parse(s)
-	if e != api.OK {
-		t.Fatal(s, e)
-	}
-	return m
-}
 
 // machines returns small machines of all kinds, and large ones.
 func machines() []api.Mealy {
@@ -74,21 +66,21 @@ func same(a, b [][]int) bool {
 }
 
 func TestForm(t *testing.T) {
-	good := parse(t, "0/0")
+	good := sample.ParseMealy("0/0")
 	for _, m := range sample.InvalidMachines() {
-		if l, e := Cover(m); l != nil || e != api.ErrForm {
+		if l, e := check.Cover(m); l != nil || e != api.ErrForm {
 			t.Error("Cover", m, e)
 		}
-		if l, e := Tellers(m); l != nil || e != api.ErrForm {
+		if l, e := check.Tellers(m); l != nil || e != api.ErrForm {
 			t.Error("Tellers", m, e)
 		}
-		if l, e := Suite(m, -1); l != nil || e != api.ErrForm {
+		if l, e := check.Suite(m, -1); l != nil || e != api.ErrForm {
 			t.Error("Suite", m, e)
 		}
-		if ok, e := Passes(m, good, [][]int{{-1}}); ok || e != api.ErrForm {
+		if ok, e := check.Passes(m, good, [][]int{{-1}}); ok || e != api.ErrForm {
 			t.Error("Passes", m, e)
 		}
-		if ok, e := Passes(good, m, [][]int{{-1}}); ok || e != api.ErrForm {
+		if ok, e := check.Passes(good, m, [][]int{{-1}}); ok || e != api.ErrForm {
 			t.Error("Passes", m, e)
 		}
 	}
@@ -99,36 +91,36 @@ func TestArguments(t *testing.T) {
 		if fit(m) {
 			continue
 		}
-		if l, e := Cover(m); l != nil || e != api.ErrArg {
+		if l, e := check.Cover(m); l != nil || e != api.ErrArg {
 			t.Fatal("Cover", m, e)
 		}
-		if l, e := Tellers(m); l != nil || e != api.ErrArg {
+		if l, e := check.Tellers(m); l != nil || e != api.ErrArg {
 			t.Fatal("Tellers", m, e)
 		}
-		if l, e := Suite(m, 0); l != nil || e != api.ErrArg {
+		if l, e := check.Suite(m, 0); l != nil || e != api.ErrArg {
 			t.Fatal("Suite", m, e)
 		}
 	}
-	m := parse(t, "1/0.0/1 0/0.1/0")
+	m := sample.ParseMealy("1/0.0/1 0/0.1/0")
 	for _, extra := range []int{-1, api.MaxExtra + 1} {
-		if l, e := Suite(m, extra); l != nil || e != api.ErrArg {
+		if l, e := check.Suite(m, extra); l != nil || e != api.ErrArg {
 			t.Error("Suite", extra, e)
 		}
 		// Also where the suite would be too large.
-		if l, e := Suite(ring(60, 6), extra); l != nil || e != api.ErrArg {
+		if l, e := check.Suite(ring(60, 6), extra); l != nil || e != api.ErrArg {
 			t.Error("Suite", extra, e)
 		}
 	}
 	for _, words := range [][][]int{{{2}}, {{0}, {-1}}, {{0, 1}, make([]int, api.MaxWord+1)}} {
-		if ok, e := Passes(m, m, words); ok || e != api.ErrArg {
+		if ok, e := check.Passes(m, m, words); ok || e != api.ErrArg {
 			t.Error("Passes", e)
 		}
 		// Also where an earlier word has other outputs.
-		if ok, e := Passes(m, parse(t, "0/1.0/1"), append([][]int{{0}}, words...)); ok || e != api.ErrArg {
+		if ok, e := check.Passes(m, sample.ParseMealy("0/1.0/1"), append([][]int{{0}}, words...)); ok || e != api.ErrArg {
 			t.Error("Passes", e)
 		}
 	}
-	if ok, e := Passes(m, parse(t, "0/0"), nil); ok || e != api.ErrArg {
+	if ok, e := check.Passes(m, sample.ParseMealy("0/0"), nil); ok || e != api.ErrArg {
 		t.Error("Passes", e)
 	}
 }
@@ -138,7 +130,7 @@ func TestCover(t *testing.T) { // P9.2
 		if !fit(m) {
 			continue
 		}
-		list, e := Cover(m)
+		list, e := check.Cover(m)
 		if e != api.OK || len(list) != len(m.Next) {
 			t.Fatal(m, list, e)
 		}
@@ -164,7 +156,7 @@ func TestTellers(t *testing.T) { // P9.2
 		if !fit(m) {
 			continue
 		}
-		list, e := Tellers(m)
+		list, e := check.Tellers(m)
 		var want [][]int
 		for x := range m.Next {
 			for y := range m.Next {
@@ -187,8 +179,8 @@ func TestSuite(t *testing.T) {
 		if !fit(m) || len(m.Next) > 7 {
 			continue
 		}
-		first, _ := Cover(m)
-		last, _ := Tellers(m)
+		first, _ := check.Cover(m)
+		last, _ := check.Tellers(m)
 		for extra := range api.MaxExtra + 1 {
 			var want [][]int
 			for _, u := range first {
@@ -198,7 +190,7 @@ func TestSuite(t *testing.T) {
 					}
 				}
 			}
-			list, e := Suite(m, extra)
+			list, e := check.Suite(m, extra)
 			if e != api.OK || !ordered(list) || !same(list, sorted(want)) {
 				t.Fatal(m, extra, len(list), e)
 			}
@@ -212,8 +204,8 @@ func TestMoreExtra(t *testing.T) { // P9.3
 			continue
 		}
 		for extra := range api.MaxExtra {
-			list, _ := Suite(m, extra)
-			more, e := Suite(m, extra+1)
+			list, _ := check.Suite(m, extra)
+			more, e := check.Suite(m, extra+1)
 			for i := range list {
 				if _, found := slices.BinarySearchFunc(more, list[i], slices.Compare[[]int]); !found && e == api.OK {
 					t.Fatal(m, extra, list[i])
@@ -242,15 +234,15 @@ func TestPassing(t *testing.T) {
 		{"1/0 0/1", 2, 4},
 		{"1/0.0/0 2/0.0/0 0/1.2/1", 0, 3},
 	} {
-		m := parse(t, c.machine)
-		suite, e := Suite(m, c.extra)
+		m := sample.ParseMealy(c.machine)
+		suite, e := check.Suite(m, c.extra)
 		if e != api.OK {
 			t.Fatal(c, e)
 		}
 		passed := 0
 		for other := range sample.AllMachines(c.states, len(m.Next[0])) {
 			equal, _, _ := mealy.Equal(m, 0, other, 0)
-			passes, e := Passes(m, other, suite)
+			passes, e := check.Passes(m, other, suite)
 			if passes != equal || e != api.OK {
 				t.Fatal(c, other, passes, equal, e)
 			}
@@ -266,12 +258,12 @@ func TestPassing(t *testing.T) {
 
 // A suite without further states does not find every machine with one more.
 func TestTooManyStates(t *testing.T) {
-	m := parse(t, "0/0.0/1")
-	suite, _ := Suite(m, 0)
+	m := sample.ParseMealy("0/0.0/1")
+	suite, _ := check.Suite(m, 0)
 	found := false
 	for other := range sample.AllMachines(2, 2) {
 		equal, _, _ := mealy.Equal(m, 0, other, 0)
-		passes, _ := Passes(m, other, suite)
+		passes, _ := check.Passes(m, other, suite)
 		found = found || passes && !equal
 	}
 	if !found {
@@ -288,10 +280,10 @@ func TestPasses(t *testing.T) { // P9.4
 		for range next(4) {
 			words = append(words, sample.Word(next, letters, next(7)))
 		}
-		if ok, e := Passes(m, m, words); !ok || e != api.OK {
+		if ok, e := check.Passes(m, m, words); !ok || e != api.OK {
 			t.Fatal(m, words, e)
 		}
-		if ok, e := Passes(m, other, words); !ok || e != api.OK {
+		if ok, e := check.Passes(m, other, words); !ok || e != api.OK {
 			t.Fatal(m, other, words, e)
 		}
 		other.Out[next(n)][next(letters)] = next(2)
@@ -301,7 +293,7 @@ func TestPasses(t *testing.T) { // P9.4
 			second, _, _ := mealy.Run(other, 0, word)
 			want = want && slices.Equal(first, second)
 		}
-		if ok, e := Passes(m, other, words); ok != want || e != api.OK {
+		if ok, e := check.Passes(m, other, words); ok != want || e != api.OK {
 			t.Fatal(m, other, words, e)
 		}
 	}
@@ -309,7 +301,7 @@ func TestPasses(t *testing.T) { // P9.4
 
 func TestSize(t *testing.T) {
 	// A word of a ring of one letter is a number: from 1 to 59 + 3 + 59.
-	if l, e := Suite(ring(60, 1), 2); len(l) != 121 || e != api.OK {
+	if l, e := check.Suite(ring(60, 1), 2); len(l) != 121 || e != api.OK {
 		t.Error(len(l), e)
 	}
 	for _, c := range []struct{ states, letters, extra, count int }{
@@ -322,16 +314,16 @@ func TestSize(t *testing.T) {
 		if count := countSuite(m, c.extra); count != c.count {
 			t.Fatal(c, count)
 		}
-		l, e := Suite(m, c.extra)
+		l, e := check.Suite(m, c.extra)
 		if c.count <= api.MaxTests && (len(l) != c.count || e != api.OK) || c.count > api.MaxTests && (l != nil || e != api.ErrSize) {
 			t.Error(c, len(l), e)
 		}
 	}
-	if l, e := Suite(ring(60, 6), 2); l != nil || e != api.ErrSize {
+	if l, e := check.Suite(ring(60, 6), 2); l != nil || e != api.ErrSize {
 		t.Error(len(l), e)
 	}
 	for _, m := range sample.LargeMachines() {
-		if l, e := Suite(m, 2); fit(m) && (l != nil || e != api.ErrSize) {
+		if l, e := check.Suite(m, 2); fit(m) && (l != nil || e != api.ErrSize) {
 			t.Error(len(l), e)
 		}
 	}
@@ -339,8 +331,8 @@ func TestSize(t *testing.T) {
 
 // countSuite counts the words of a suite by their strings.
 func countSuite(m api.Mealy, extra int) int {
-	first, _ := Cover(m)
-	last, _ := Tellers(m)
+	first, _ := check.Cover(m)
+	last, _ := check.Tellers(m)
 	seen := map[string]bool{}
 	for _, u := range first {
 		for _, v := range allWords(len(m.Next[0]), extra+1) {
@@ -357,8 +349,8 @@ func countSuite(m api.Mealy, extra int) int {
 }
 
 func TestMemory(t *testing.T) { // no two words of a result share memory
-	m := parse(t, "1/0.0/1 0/0.1/0")
-	list, _ := Suite(m, 2)
+	m := sample.ParseMealy("1/0.0/1 0/0.1/0")
+	list, _ := check.Suite(m, 2)
 	for i := range list {
 		list[i] = append(list[i], 9)
 	}
@@ -370,24 +362,24 @@ func TestMemory(t *testing.T) { // no two words of a result share memory
 }
 
 func TestExamples(t *testing.T) {
-	m := parse(t, "1/0.0/1 0/0.1/0")
-	if l, e := Cover(m); !same(l, [][]int{{}, {0}}) || e != api.OK {
+	m := sample.ParseMealy("1/0.0/1 0/0.1/0")
+	if l, e := check.Cover(m); !same(l, [][]int{{}, {0}}) || e != api.OK {
 		t.Error(l, e)
 	}
-	if l, e := Tellers(m); !same(l, [][]int{{1}}) || e != api.OK {
+	if l, e := check.Tellers(m); !same(l, [][]int{{1}}) || e != api.OK {
 		t.Error(l, e)
 	}
-	if l, e := Suite(m, 0); !same(l, [][]int{{0, 0, 1}, {0, 1}, {0, 1, 1}, {1}, {1, 1}}) || e != api.OK {
+	if l, e := check.Suite(m, 0); !same(l, [][]int{{0, 0, 1}, {0, 1}, {0, 1, 1}, {1}, {1, 1}}) || e != api.OK {
 		t.Error(l, e)
 	}
-	one := parse(t, "0/3.0/1")
-	if l, e := Tellers(one); !same(l, [][]int{{}}) || e != api.OK {
+	one := sample.ParseMealy("0/3.0/1")
+	if l, e := check.Tellers(one); !same(l, [][]int{{}}) || e != api.OK {
 		t.Error(l, e)
 	}
-	if l, e := Suite(one, 0); !same(l, [][]int{{}, {0}, {1}}) || e != api.OK {
+	if l, e := check.Suite(one, 0); !same(l, [][]int{{}, {0}, {1}}) || e != api.OK {
 		t.Error(l, e)
 	}
-	if ok, e := Passes(one, m, nil); !ok || e != api.OK {
+	if ok, e := check.Passes(one, m, nil); !ok || e != api.OK {
 		t.Error(ok, e)
 	}
 }

@@ -1,4 +1,4 @@
-package color
+package color_test
 
 import (
 	"reflect"
@@ -7,6 +7,7 @@ import (
 
 	"mizmaze/api"
 	"mizmaze/auto"
+	"mizmaze/color"
 	"mizmaze/net"
 	"mizmaze/sample"
 	"mizmaze/sets"
@@ -42,15 +43,6 @@ func anyPerms(next func(int) int, states, letters int) [][]int {
 	return perms
 }
 
-func parse(t *testing.T, s string) api.Auto {
-	t.Helper()
-	a, e := auto.Parse(s)
-	if e != api.OK {
-		t.Fatal(s, e)
-	}
-	return a
-}
-
 // colourings calls try with all colourings, some of them many times.
 func colourings(a api.Auto, try func(b api.Auto)) {
 	b := api.Auto{Next: make([][]int, len(a.Next))}
@@ -77,11 +69,11 @@ func colourings(a api.Auto, try func(b api.Auto)) {
 
 func checkRoad(t *testing.T, a api.Auto) {
 	t.Helper()
-	b, word, e := Road(a)
+	b, word, e := color.Road(a)
 	if e != api.OK {
 		t.Fatal(a, e)
 	}
-	if same, e := Same(a, b); !same || e != api.OK {
+	if same, e := color.Same(a, b); !same || e != api.OK {
 		t.Fatal(a, b, e)
 	}
 	n := len(a.Next)
@@ -94,19 +86,19 @@ func checkRoad(t *testing.T, a api.Auto) {
 func TestForm(t *testing.T) {
 	good := api.Auto{Next: [][]int{{0}}}
 	for _, a := range sample.InvalidAutos() {
-		if b, e := Colored(a, nil); b.Next != nil || e != api.ErrForm {
+		if b, e := color.Colored(a, nil); b.Next != nil || e != api.ErrForm {
 			t.Error("Colored", a, e)
 		}
-		if ok, e := Same(a, good); ok || e != api.ErrForm {
+		if ok, e := color.Same(a, good); ok || e != api.ErrForm {
 			t.Error("Same", a, e)
 		}
-		if ok, e := Same(good, a); ok || e != api.ErrForm {
+		if ok, e := color.Same(good, a); ok || e != api.ErrForm {
 			t.Error("Same", a, e)
 		}
-		if c, e := Colorings(a); c != 0 || e != api.ErrForm {
+		if c, e := color.Colorings(a); c != 0 || e != api.ErrForm {
 			t.Error("Colorings", a, e)
 		}
-		if b, w, e := Road(a); b.Next != nil || w != nil || e != api.ErrForm {
+		if b, w, e := color.Road(a); b.Next != nil || w != nil || e != api.ErrForm {
 			t.Error("Road", a, e)
 		}
 	}
@@ -116,7 +108,7 @@ func TestColored(t *testing.T) {
 	next := sample.Numbers(4)
 	for _, a := range autos() {
 		perms := anyPerms(next, len(a.Next), len(a.Next[0]))
-		b, e := Colored(a, perms)
+		b, e := color.Colored(a, perms)
 		if e != api.OK {
 			t.Fatal(a, perms, e)
 		}
@@ -128,9 +120,9 @@ func TestColored(t *testing.T) {
 			}
 		}
 	}
-	a := parse(t, "1.0 0.1")
+	a := sample.ParseAuto("1.0 0.1")
 	for _, perms := range [][][]int{nil, {{0, 1}}, {{0, 1}, {0}}, {{0, 1}, {0, 0}}, {{0, 1}, {0, 2}}, {{-1, 0}, {0, 1}}, {{0, 1}, {0, 1, 1}}, {{0, 1}, {0, 1}, {0, 1}}} {
-		if b, e := Colored(a, perms); b.Next != nil || e != api.ErrArg {
+		if b, e := color.Colored(a, perms); b.Next != nil || e != api.ErrArg {
 			t.Error(perms, b, e)
 		}
 	}
@@ -141,27 +133,27 @@ func TestSame(t *testing.T) { // P5.3
 		for b := range sample.AllAutos(2, 2) {
 			want := false
 			colourings(a, func(c api.Auto) { want = want || reflect.DeepEqual(b, c) })
-			if same, e := Same(a, b); same != want || e != api.OK {
+			if same, e := color.Same(a, b); same != want || e != api.OK {
 				t.Fatal(a, b, same, e)
 			}
 		}
 	}
 	next := sample.Numbers(5)
 	for _, a := range autos() {
-		b, _ := Colored(a, anyPerms(next, len(a.Next), len(a.Next[0])))
-		c, _ := Colored(b, anyPerms(next, len(a.Next), len(a.Next[0])))
+		b, _ := color.Colored(a, anyPerms(next, len(a.Next), len(a.Next[0])))
+		c, _ := color.Colored(b, anyPerms(next, len(a.Next), len(a.Next[0])))
 		for _, pair := range [][2]api.Auto{{a, a}, {a, b}, {b, a}, {a, c}, {c, a}} {
-			if same, e := Same(pair[0], pair[1]); !same || e != api.OK {
+			if same, e := color.Same(pair[0], pair[1]); !same || e != api.OK {
 				t.Fatal(pair)
 			}
 		}
 		d := api.Auto{Next: append(slices.Clone(c.Next), c.Next[0])}
-		if same, e := Same(a, d); same || e != api.OK {
+		if same, e := color.Same(a, d); same || e != api.OK {
 			t.Fatal(a, d)
 		}
 	}
 	for _, pair := range [][2]string{{"0", "0.0"}, {"0.0 1.1", "0.1 0.1"}, {"0.0.1 0.0.0", "0.1.1 0.0.0"}, {"0", "0 1"}} {
-		if same, e := Same(parse(t, pair[0]), parse(t, pair[1])); same || e != api.OK {
+		if same, e := color.Same(sample.ParseAuto(pair[0]), sample.ParseAuto(pair[1])); same || e != api.OK {
 			t.Error(pair)
 		}
 	}
@@ -169,7 +161,7 @@ func TestSame(t *testing.T) { // P5.3
 
 func TestAlike(t *testing.T) { // P5.3
 	for _, a := range autos() {
-		b, _ := Colored(a, anyPerms(sample.Numbers(6), len(a.Next), len(a.Next[0])))
+		b, _ := color.Colored(a, anyPerms(sample.Numbers(6), len(a.Next), len(a.Next[0])))
 		connected, _ := net.Connected(a)
 		period, e := net.Period(a)
 		if c, _ := net.Connected(b); c != connected {
@@ -191,17 +183,8 @@ func TestColorings(t *testing.T) {
 			s, _ := auto.Text(b)
 			seen[s] = true
 		})
-		if count, e := Colorings(a); count != len(seen) || e != api.OK {
+		if count, e := color.Colorings(a); count != len(seen) || e != api.OK {
 			t.Fatal(a, count, len(seen), e)
-		}
-		// Road goes through all of them if it has to.
-		ranged := map[string]bool{}
-		for b := range numberings(a) {
-			s, _ := auto.Text(b)
-			ranged[s] = true
-		}
-		if !reflect.DeepEqual(seen, ranged) {
-			t.Fatal(a, len(seen), len(ranged))
 		}
 	}
 }
@@ -214,26 +197,26 @@ func TestManyColorings(t *testing.T) {
 		}
 		return a
 	}
-	if count, e := Colorings(two(60)); count != api.MaxCount || e != api.OK {
+	if count, e := color.Colorings(two(60)); count != api.MaxCount || e != api.OK {
 		t.Error(count, e)
 	}
 	more := two(60)
 	for s := range more.Next {
 		more.Next[s] = append(more.Next[s], s)
 	}
-	if count, e := Colorings(more); count != 0 || e != api.ErrSize {
+	if count, e := color.Colorings(more); count != 0 || e != api.ErrSize {
 		t.Error(count, e)
 	}
 	one := api.Auto{}
 	for s := range 60 {
 		one.Next = append(one.Next, []int{s, s, s, s, s, s})
 	}
-	if count, e := Colorings(one); count != 1 || e != api.OK {
+	if count, e := color.Colorings(one); count != 1 || e != api.OK {
 		t.Error(count, e)
 	}
 	one.Next[3] = []int{0, 1, 2, 3, 4, 5}
 	one.Next[4] = []int{0, 0, 2, 3, 3, 3}
-	if count, e := Colorings(one); count != 720*60 || e != api.OK {
+	if count, e := color.Colorings(one); count != 720*60 || e != api.OK {
 		t.Error(count, e)
 	}
 }
@@ -247,11 +230,11 @@ func TestRoad(t *testing.T) { // P5.1
 			roads++
 			checkRoad(t, a)
 		case e == api.OK:
-			if b, w, e := Road(a); b.Next != nil || w != nil || e != api.ErrNone {
+			if b, w, e := color.Road(a); b.Next != nil || w != nil || e != api.ErrNone {
 				t.Fatal(a, e)
 			}
 		default:
-			if b, w, e := Road(a); b.Next != nil || w != nil || e != api.ErrArg {
+			if b, w, e := color.Road(a); b.Next != nil || w != nil || e != api.ErrArg {
 				t.Fatal(a, e)
 			}
 		}
@@ -268,7 +251,7 @@ func TestPeriods(t *testing.T) { // P5.2
 		if e != api.OK {
 			continue
 		}
-		b, _ := Colored(a, anyPerms(next, len(a.Next), len(a.Next[0])))
+		b, _ := color.Colored(a, anyPerms(next, len(a.Next), len(a.Next[0])))
 		word := make([]int, 50)
 		for i := range word {
 			word[i] = next(len(a.Next[0]))
@@ -335,12 +318,12 @@ func TestLargeRoads(t *testing.T) {
 }
 
 func TestMemory(t *testing.T) {
-	a := parse(t, "1.0 0.1")
+	a := sample.ParseAuto("1.0 0.1")
 	perms := [][]int{{0, 1}, {0, 1}}
-	b, _ := Colored(a, perms)
-	c, _, _ := Road(parse(t, "0"))
-	d := parse(t, "1.0 0.0")
-	r, _, _ := Road(d)
+	b, _ := color.Colored(a, perms)
+	c, _, _ := color.Road(sample.ParseAuto("0"))
+	d := sample.ParseAuto("1.0 0.0")
+	r, _, _ := color.Road(d)
 	b.Next[0][0], c.Next[0][0], r.Next[0][0] = 9, 9, 9
 	if s, _ := auto.Text(a); s != "1.0 0.1" || !reflect.DeepEqual(perms, [][]int{{0, 1}, {0, 1}}) {
 		t.Error(s, perms)
@@ -351,21 +334,21 @@ func TestMemory(t *testing.T) {
 }
 
 func TestExamples(t *testing.T) {
-	a := parse(t, "1.1 2.2 0.0")
-	if c, e := Colorings(a); c != 1 || e != api.OK {
+	a := sample.ParseAuto("1.1 2.2 0.0")
+	if c, e := color.Colorings(a); c != 1 || e != api.OK {
 		t.Error(c, e)
 	}
-	if _, _, e := Road(a); e != api.ErrNone {
+	if _, _, e := color.Road(a); e != api.ErrNone {
 		t.Error(e)
 	}
-	a = parse(t, "1.2 2.2 0.0")
-	if c, e := Colorings(a); c != 2 || e != api.OK {
+	a = sample.ParseAuto("1.2 2.2 0.0")
+	if c, e := color.Colorings(a); c != 2 || e != api.OK {
 		t.Error(c, e)
 	}
 	checkRoad(t, a)
-	if same, e := Same(parse(t, "1.0 0.1"), parse(t, "1.0 1.0")); !same || e != api.OK {
+	if same, e := color.Same(sample.ParseAuto("1.0 0.1"), sample.ParseAuto("1.0 1.0")); !same || e != api.OK {
 		t.Error(same, e)
 	}
-	checkRoad(t, parse(t, "1.0 0.1"))
-	checkRoad(t, parse(t, "0"))
+	checkRoad(t, sample.ParseAuto("1.0 0.1"))
+	checkRoad(t, sample.ParseAuto("0"))
 }

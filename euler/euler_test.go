@@ -1,4 +1,4 @@
-package euler
+package euler_test
 
 import (
 	"slices"
@@ -6,20 +6,12 @@ import (
 
 	"mizmaze/api"
 	"mizmaze/auto"
+	"mizmaze/euler"
 	"mizmaze/reset"
 	"mizmaze/sample"
 	"mizmaze/sets"
 	"mizmaze/short"
 )
-
-func parse(t *testing.T, s string) api.Auto {
-	t.Helper()
-	a, e := auto.Parse(s)
-	if e != api.OK {
-		t.Fatal(s, e)
-	}
-	return a
-}
 
 // firstExtension tries all words of up to most letters in order, shorter ones first.
 func firstExtension(a api.Auto, set []int, most int) ([]int, bool) {
@@ -46,16 +38,16 @@ func firstExtension(a api.Auto, set []int, most int) ([]int, bool) {
 
 func TestForm(t *testing.T) {
 	for _, a := range sample.InvalidAutos() {
-		if ok, e := Eulerian(a); ok || e != api.ErrForm {
+		if ok, e := euler.Eulerian(a); ok || e != api.ErrForm {
 			t.Error("Eulerian", a, e)
 		}
-		if x, e := Circular(a); x != 0 || e != api.ErrForm {
+		if x, e := euler.Circular(a); x != 0 || e != api.ErrForm {
 			t.Error("Circular", a, e)
 		}
-		if w, e := Extend(a, []int{-1}); w != nil || e != api.ErrForm {
+		if w, e := euler.Extend(a, []int{-1}); w != nil || e != api.ErrForm {
 			t.Error("Extend", a, e)
 		}
-		if b, e := Bound(a); b != 0 || e != api.ErrForm {
+		if b, e := euler.Bound(a); b != 0 || e != api.ErrForm {
 			t.Error("Bound", a, e)
 		}
 	}
@@ -75,11 +67,11 @@ func TestEulerian(t *testing.T) {
 			}
 			want = want && times == len(a.Next[0])
 		}
-		if ok, e := Eulerian(a); ok != want || e != api.OK {
+		if ok, e := euler.Eulerian(a); ok != want || e != api.OK {
 			t.Fatal(a, ok, e)
 		}
 	}
-	if ok, e := Eulerian(sample.Eulerian(sample.Numbers(3), 60, 6)); !ok || e != api.OK {
+	if ok, e := euler.Eulerian(sample.Eulerian(sample.Numbers(3), 60, 6)); !ok || e != api.OK {
 		t.Error(ok, e)
 	}
 }
@@ -100,7 +92,7 @@ func TestCircular(t *testing.T) {
 				want = x
 			}
 		}
-		x, e := Circular(a)
+		x, e := euler.Circular(a)
 		if want >= 0 && (x != want || e != api.OK) || want < 0 && (x != 0 || e != api.ErrNone) {
 			t.Fatal(a, x, want, e)
 		}
@@ -114,7 +106,7 @@ func TestExtend(t *testing.T) {
 		}
 		for bits := range 1 << len(a.Next) {
 			set := sets.Set(bits).List()
-			word, e := Extend(a, set)
+			word, e := euler.Extend(a, set)
 			if e == api.OK && len(word) <= 6 {
 				if want, ok := firstExtension(a, set, len(word)); !ok || !slices.Equal(word, want) {
 					t.Fatal(a, set, word, want)
@@ -127,25 +119,25 @@ func TestExtend(t *testing.T) {
 }
 
 func TestExtendErrors(t *testing.T) {
-	a := parse(t, "1.0 0.1")
+	a := sample.ParseAuto("1.0 0.1")
 	for _, set := range [][]int{{2}, {-1}, {1, 0}, {0, 0}} {
-		if w, e := Extend(a, set); w != nil || e != api.ErrArg {
+		if w, e := euler.Extend(a, set); w != nil || e != api.ErrArg {
 			t.Error(set, w, e)
 		}
 	}
 	big := sample.Auto(sample.Numbers(4), 13, 2)
-	if w, e := Extend(big, []int{13}); w != nil || e != api.ErrArg {
+	if w, e := euler.Extend(big, []int{13}); w != nil || e != api.ErrArg {
 		t.Error(w, e)
 	}
-	if w, e := Extend(big, []int{0}); w != nil || e != api.ErrSize {
+	if w, e := euler.Extend(big, []int{0}); w != nil || e != api.ErrSize {
 		t.Error(w, e)
 	}
 	for _, set := range [][]int{nil, {0}, {0, 1}} { // letters that permute extend nothing
-		if w, e := Extend(a, set); w != nil || e != api.ErrNone {
+		if w, e := euler.Extend(a, set); w != nil || e != api.ErrNone {
 			t.Error(set, w, e)
 		}
 	}
-	if w, e := Extend(sample.Auto(sample.Numbers(4), 12, 6), []int{0, 5}); len(w) == 0 || e != api.OK {
+	if w, e := euler.Extend(sample.Auto(sample.Numbers(4), 12, 6), []int{0, 5}); len(w) == 0 || e != api.OK {
 		t.Error(w, e)
 	}
 }
@@ -161,7 +153,7 @@ func TestKari(t *testing.T) { // P6.1
 		found++
 		n := len(a.Next)
 		for bits := 1; bits < 1<<n-1; bits++ {
-			if word, e := Extend(a, sets.Set(bits).List()); e != api.OK || len(word) > n-1 {
+			if word, e := euler.Extend(a, sets.Set(bits).List()); e != api.OK || len(word) > n-1 {
 				t.Fatal(a, bits, word, e)
 			}
 		}
@@ -173,7 +165,7 @@ func TestKari(t *testing.T) { // P6.1
 
 func TestBound(t *testing.T) { // P6.2
 	for a := range sample.SmallAutos() {
-		bound, e := Bound(a)
+		bound, e := euler.Bound(a)
 		word, se := short.Shortest(a)
 		if se == api.ErrNone {
 			if bound != 0 || e != api.ErrNone {
@@ -183,10 +175,10 @@ func TestBound(t *testing.T) { // P6.2
 		}
 		n := len(a.Next)
 		want := (n*n*n - n) / 6
-		if _, e := Circular(a); e == api.OK {
+		if _, e := euler.Circular(a); e == api.OK {
 			want = (n - 1) * (n - 1)
 		}
-		if ok, _ := Eulerian(a); ok {
+		if ok, _ := euler.Eulerian(a); ok {
 			want = n*n - 3*n + 3
 		}
 		if bound != want || e != api.OK || len(word) > bound {
@@ -195,7 +187,7 @@ func TestBound(t *testing.T) { // P6.2
 	}
 	for n := 2; n <= api.MaxSmall; n++ {
 		a, _ := short.Cerny(n)
-		if b, e := Bound(a); b != (n-1)*(n-1) || e != api.OK {
+		if b, e := euler.Bound(a); b != (n-1)*(n-1) || e != api.OK {
 			t.Error(n, b, e)
 		}
 	}
@@ -203,7 +195,7 @@ func TestBound(t *testing.T) { // P6.2
 
 func TestAverage(t *testing.T) { // P6.3
 	for a := range sample.SmallAutos() {
-		ok, _ := Eulerian(a)
+		ok, _ := euler.Eulerian(a)
 		exact := true
 		for bits := range 1 << len(a.Next) {
 			set := sets.Set(bits).List()
@@ -221,37 +213,37 @@ func TestAverage(t *testing.T) { // P6.3
 }
 
 func TestExamples(t *testing.T) {
-	a := parse(t, "1.0 2.1 0.2")
-	if ok, e := Eulerian(a); !ok || e != api.OK {
+	a := sample.ParseAuto("1.0 2.1 0.2")
+	if ok, e := euler.Eulerian(a); !ok || e != api.OK {
 		t.Error(ok, e)
 	}
-	if x, e := Circular(a); x != 0 || e != api.OK {
+	if x, e := euler.Circular(a); x != 0 || e != api.OK {
 		t.Error(x, e)
 	}
-	if b, e := Bound(a); b != 0 || e != api.ErrNone {
+	if b, e := euler.Bound(a); b != 0 || e != api.ErrNone {
 		t.Error(b, e)
 	}
-	a = parse(t, "0.1 0.2 1.2")
-	if ok, e := Eulerian(a); !ok || e != api.OK {
+	a = sample.ParseAuto("0.1 0.2 1.2")
+	if ok, e := euler.Eulerian(a); !ok || e != api.OK {
 		t.Error(ok, e)
 	}
 	if w, e := short.Shortest(a); !slices.Equal(w, []int{0, 0}) || e != api.OK {
 		t.Error(w, e)
 	}
-	if b, e := Bound(a); b != 3 || e != api.OK {
+	if b, e := euler.Bound(a); b != 3 || e != api.OK {
 		t.Error(b, e)
 	}
 	a, _ = short.Cerny(3)
-	if x, e := Circular(a); x != 0 || e != api.OK {
+	if x, e := euler.Circular(a); x != 0 || e != api.OK {
 		t.Error(x, e)
 	}
-	if b, e := Bound(a); b != 4 || e != api.OK {
+	if b, e := euler.Bound(a); b != 4 || e != api.OK {
 		t.Error(b, e)
 	}
-	if b, e := Bound(parse(t, "0")); b != 1 || e != api.OK {
+	if b, e := euler.Bound(sample.ParseAuto("0")); b != 1 || e != api.OK {
 		t.Error(b, e)
 	}
-	if x, e := Circular(parse(t, "0.0")); x != 0 || e != api.OK {
+	if x, e := euler.Circular(sample.ParseAuto("0.0")); x != 0 || e != api.OK {
 		t.Error(x, e)
 	}
 }

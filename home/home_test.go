@@ -1,4 +1,4 @@
-package home
+package home_test
 
 import (
 	"slices"
@@ -6,21 +6,13 @@ import (
 
 	"mizmaze/api"
 	"mizmaze/auto"
+	"mizmaze/home"
 	"mizmaze/mealy"
 	"mizmaze/reset"
 	"mizmaze/sample"
 	"mizmaze/search"
 	"mizmaze/sets"
 )
-
-func parse(t *testing.T, s string) api.Mealy {
-	t.Helper()
-	m, e := mealy.Parse(s)
-	if e != api.OK {
-		t.Fatal(s, e)
-	}
-	return m
-}
 
 // machines returns small machines of all kinds, and large ones.
 func machines() []api.Mealy {
@@ -89,55 +81,55 @@ func firstWord(m api.Mealy, holds func(a, b [2]int) bool) ([]int, bool) {
 
 func TestForm(t *testing.T) {
 	for _, m := range sample.InvalidMachines() {
-		if ok, e := Homes(m, []int{-1}); ok || e != api.ErrForm {
+		if ok, e := home.Homes(m, []int{-1}); ok || e != api.ErrForm {
 			t.Error("Homes", m, e)
 		}
-		if ok, e := Tells(m, []int{-1}); ok || e != api.ErrForm {
+		if ok, e := home.Tells(m, []int{-1}); ok || e != api.ErrForm {
 			t.Error("Tells", m, e)
 		}
-		if w, e := Home(m); w != nil || e != api.ErrForm {
+		if w, e := home.Home(m); w != nil || e != api.ErrForm {
 			t.Error("Home", m, e)
 		}
-		if w, e := Shortest(m); w != nil || e != api.ErrForm {
+		if w, e := home.Shortest(m); w != nil || e != api.ErrForm {
 			t.Error("Shortest", m, e)
 		}
-		if w, e := Telling(m); w != nil || e != api.ErrForm {
+		if w, e := home.Telling(m); w != nil || e != api.ErrForm {
 			t.Error("Telling", m, e)
 		}
-		if w, s, e := Seek(m, -1); w != nil || s != 0 || e != api.ErrForm {
+		if w, s, e := home.Seek(m, -1); w != nil || s != 0 || e != api.ErrForm {
 			t.Error("Seek", m, e)
 		}
 	}
 }
 
 func TestArguments(t *testing.T) {
-	m := parse(t, "1/0.0/1 0/0.1/0")
+	m := sample.ParseMealy("1/0.0/1 0/0.1/0")
 	for _, word := range [][]int{{2}, {1, -1}, make([]int, api.MaxWord+1)} {
-		if ok, e := Homes(m, word); ok || e != api.ErrArg {
+		if ok, e := home.Homes(m, word); ok || e != api.ErrArg {
 			t.Error("Homes", e)
 		}
-		if ok, e := Tells(m, word); ok || e != api.ErrArg {
+		if ok, e := home.Tells(m, word); ok || e != api.ErrArg {
 			t.Error("Tells", e)
 		}
 	}
 	for _, s := range []int{-1, 2} {
-		if w, r, e := Seek(m, s); w != nil || r != 0 || e != api.ErrArg {
+		if w, r, e := home.Seek(m, s); w != nil || r != 0 || e != api.ErrArg {
 			t.Error("Seek", s, e)
 		}
 	}
-	same := parse(t, "0/0 0/0")
-	if w, r, e := Seek(same, 2); w != nil || r != 0 || e != api.ErrArg {
+	same := sample.ParseMealy("0/0 0/0")
+	if w, r, e := home.Seek(same, 2); w != nil || r != 0 || e != api.ErrArg {
 		t.Error("Seek", e)
 	}
-	if w, r, e := Seek(same, 1); w != nil || r != 0 || e != api.ErrNone {
+	if w, r, e := home.Seek(same, 1); w != nil || r != 0 || e != api.ErrNone {
 		t.Error("Seek", e)
 	}
 	for _, n := range []int{8, 60} {
 		big := sample.Mealy(sample.Numbers(1), n, 2, 2)
-		if w, e := Shortest(big); w != nil || e != api.ErrSize {
+		if w, e := home.Shortest(big); w != nil || e != api.ErrSize {
 			t.Error("Shortest", e)
 		}
-		if w, e := Telling(big); w != nil || e != api.ErrSize {
+		if w, e := home.Telling(big); w != nil || e != api.ErrSize {
 			t.Error("Telling", e)
 		}
 	}
@@ -149,17 +141,17 @@ func TestHomesAndTells(t *testing.T) {
 	for _, m := range machines() {
 		word := sample.Word(next, len(m.Next[0]), next(8))
 		wantHome, wantTell := homes(m, word), tells(m, word)
-		home, e := Homes(m, word)
-		tell, f := Tells(m, word)
-		if home != wantHome || tell != wantTell || e != api.OK || f != api.OK {
-			t.Fatal(m, word, home, tell, e, f)
+		homing, e := home.Homes(m, word)
+		telling, f := home.Tells(m, word)
+		if homing != wantHome || telling != wantTell || e != api.OK || f != api.OK {
+			t.Fatal(m, word, homing, telling, e, f)
 		}
-		if home {
+		if homing {
 			found[0]++
 		} else {
 			found[1]++
 		}
-		if tell {
+		if telling {
 			found[2]++
 		} else {
 			found[3]++
@@ -175,11 +167,11 @@ func TestMoreLetters(t *testing.T) { // P8.2
 	for _, m := range machines() {
 		word := sample.Word(next, len(m.Next[0]), next(6))
 		longer := append(slices.Clone(word), sample.Word(next, len(m.Next[0]), next(3))...)
-		home, _ := Homes(m, word)
-		tell, _ := Tells(m, word)
-		homeThen, _ := Homes(m, longer)
-		tellThen, _ := Tells(m, longer)
-		if tell && !home || home && !homeThen || tell && !tellThen {
+		homing, _ := home.Homes(m, word)
+		telling, _ := home.Tells(m, word)
+		homeThen, _ := home.Homes(m, longer)
+		tellThen, _ := home.Tells(m, longer)
+		if telling && !homing || homing && !homeThen || telling && !tellThen {
 			t.Fatal(m, word, longer)
 		}
 	}
@@ -189,7 +181,7 @@ func TestHome(t *testing.T) { // P8.1
 	found := 0
 	for _, m := range machines() {
 		n := len(m.Next)
-		word, e := Home(m)
+		word, e := home.Home(m)
 		if e == api.ErrNone {
 			if minimal(m) || word != nil || !hopeless(m) {
 				t.Fatal(m, word)
@@ -218,27 +210,27 @@ func hopeless(m api.Mealy) bool {
 }
 
 func TestShortest(t *testing.T) { // P8.3
-	home := func(a, b [2]int) bool { return a[1] != b[1] || a[0] == b[0] }
-	tell := func(a, b [2]int) bool { return a[1] != b[1] }
+	homed := func(a, b [2]int) bool { return a[1] != b[1] || a[0] == b[0] }
+	told := func(a, b [2]int) bool { return a[1] != b[1] }
 	for _, m := range machines() {
 		if len(m.Next) > api.MaxFew {
 			continue
 		}
-		word, e := Shortest(m)
+		word, e := home.Shortest(m)
 		if e == api.OK != !hopeless(m) || e == api.OK && !homes(m, word) || e != api.OK && (e != api.ErrNone || word != nil) {
 			t.Fatal(m, word, e)
 		}
-		telling, f := Telling(m)
+		telling, f := home.Telling(m)
 		if f == api.OK && !tells(m, telling) || f != api.OK && (f != api.ErrNone || telling != nil) {
 			t.Fatal(m, telling, f)
 		}
 		if len(m.Next) > 4 {
 			continue
 		}
-		if want, ok := firstWord(m, home); ok != (e == api.OK) || !slices.Equal(word, want) {
+		if want, ok := firstWord(m, homed); ok != (e == api.OK) || !slices.Equal(word, want) {
 			t.Fatal(m, word, want, e)
 		}
-		if want, ok := firstWord(m, tell); ok != (f == api.OK) || !slices.Equal(telling, want) {
+		if want, ok := firstWord(m, told); ok != (f == api.OK) || !slices.Equal(telling, want) {
 			t.Fatal(m, telling, want, f)
 		}
 	}
@@ -247,7 +239,7 @@ func TestShortest(t *testing.T) { // P8.3
 func TestSeek(t *testing.T) { // P8.4
 	for _, m := range machines() {
 		for s := range m.Next {
-			word, end, e := Seek(m, s)
+			word, end, e := home.Seek(m, s)
 			if !minimal(m) {
 				if word != nil || end != 0 || e != api.ErrNone {
 					t.Fatal(m, s, word, end, e)
@@ -298,10 +290,10 @@ func TestResets(t *testing.T) { // P8.5
 		m.Next = a.Next
 		word := sample.Word(next, len(a.Next[0]), next(8))
 		image, _ := auto.Image(a, sets.Below(len(a.Next)).List(), word)
-		if home, e := Homes(m, word); home != (len(image) == 1) || e != api.OK {
-			t.Fatal(m, word, home, e)
+		if homing, e := home.Homes(m, word); homing != (len(image) == 1) || e != api.OK {
+			t.Fatal(m, word, homing, e)
 		}
-		_, e := Home(m)
+		_, e := home.Home(m)
 		if _, f := reset.Reset(a); e != f {
 			t.Fatal(m, e, f)
 		}
@@ -311,10 +303,10 @@ func TestResets(t *testing.T) { // P8.5
 func TestLongest(t *testing.T) {
 	m := sample.LargeMachines()[1]
 	word := make([]int, api.MaxWord)
-	if _, e := Homes(m, word); e != api.OK {
+	if _, e := home.Homes(m, word); e != api.OK {
 		t.Error(e)
 	}
-	if _, e := Tells(m, word); e != api.OK {
+	if _, e := home.Tells(m, word); e != api.OK {
 		t.Error(e)
 	}
 	// Cerny's automaton without outputs: the homing words are its reset words, and long.
@@ -323,41 +315,41 @@ func TestLongest(t *testing.T) {
 		silent.Next = append(silent.Next, []int{(s + 1) % 60, s % 59})
 		silent.Out = append(silent.Out, []int{0, 0})
 	}
-	word, e := Home(silent)
+	word, e := home.Home(silent)
 	if e != api.OK || len(word) < 59*59 || !homes(silent, word) {
 		t.Error(len(word), e)
 	}
 }
 
 func TestExamples(t *testing.T) {
-	m := parse(t, "1/0.0/1 0/0.1/0")
-	if ok, e := Homes(m, []int{1}); !ok || e != api.OK {
+	m := sample.ParseMealy("1/0.0/1 0/0.1/0")
+	if ok, e := home.Homes(m, []int{1}); !ok || e != api.OK {
 		t.Error(ok, e)
 	}
-	if ok, e := Tells(m, []int{1}); !ok || e != api.OK {
+	if ok, e := home.Tells(m, []int{1}); !ok || e != api.OK {
 		t.Error(ok, e)
 	}
-	if w, s, e := Seek(m, 1); !slices.Equal(w, []int{1}) || s != 1 || e != api.OK {
+	if w, s, e := home.Seek(m, 1); !slices.Equal(w, []int{1}) || s != 1 || e != api.OK {
 		t.Error(w, s, e)
 	}
-	if w, e := Home(parse(t, "1/0 0/0")); w != nil || e != api.ErrNone {
+	if w, e := home.Home(sample.ParseMealy("1/0 0/0")); w != nil || e != api.ErrNone {
 		t.Error(w, e)
 	}
-	m = parse(t, "0/0 0/0")
-	if w, e := Shortest(m); !slices.Equal(w, []int{0}) || e != api.OK {
+	m = sample.ParseMealy("0/0 0/0")
+	if w, e := home.Shortest(m); !slices.Equal(w, []int{0}) || e != api.OK {
 		t.Error(w, e)
 	}
-	if w, e := Telling(m); w != nil || e != api.ErrNone {
+	if w, e := home.Telling(m); w != nil || e != api.ErrNone {
 		t.Error(w, e)
 	}
-	m = parse(t, "0/0")
-	if w, e := Home(m); len(w) != 0 || e != api.OK {
+	m = sample.ParseMealy("0/0")
+	if w, e := home.Home(m); len(w) != 0 || e != api.OK {
 		t.Error(w, e)
 	}
-	if w, e := Telling(m); len(w) != 0 || e != api.OK {
+	if w, e := home.Telling(m); len(w) != 0 || e != api.OK {
 		t.Error(w, e)
 	}
-	if w, s, e := Seek(m, 0); len(w) != 0 || s != 0 || e != api.OK {
+	if w, s, e := home.Seek(m, 0); len(w) != 0 || s != 0 || e != api.OK {
 		t.Error(w, s, e)
 	}
 }

@@ -1,10 +1,11 @@
-package maze
+package maze_test
 
 import (
 	"slices"
 	"testing"
 
 	"mizmaze/api"
+	"mizmaze/maze"
 	"mizmaze/sample"
 )
 
@@ -54,7 +55,7 @@ func allMazes(rooms, doors int) []api.Maze {
 				z.Doors[r] = append(z.Doors[r], api.Door{Room: port / doors, Door: port % doors})
 			}
 		}
-		if Valid(z) {
+		if maze.Valid(z) {
 			list = append(list, z)
 		}
 	}
@@ -129,21 +130,21 @@ func invalidMazes() []api.Maze {
 
 func TestValid(t *testing.T) {
 	for _, z := range someMazes() {
-		if !Valid(z) {
+		if !maze.Valid(z) {
 			t.Error("not valid:", z)
 		}
 	}
 	for _, z := range invalidMazes() {
-		if Valid(z) {
+		if maze.Valid(z) {
 			t.Error("valid:", z)
 		}
-		if ok, e := Connected(z); ok || e != api.ErrForm {
+		if ok, e := maze.Connected(z); ok || e != api.ErrForm {
 			t.Error("Connected", z, e)
 		}
-		if l, e := Walk(z, -1, []int{-1}); l != nil || e != api.ErrForm {
+		if l, e := maze.Walk(z, -1, []int{-1}); l != nil || e != api.ErrForm {
 			t.Error("Walk", z, e)
 		}
-		if ok, e := Visits(z, -1, []int{-1}); ok || e != api.ErrForm {
+		if ok, e := maze.Visits(z, -1, []int{-1}); ok || e != api.ErrForm {
 			t.Error("Visits", z, e)
 		}
 	}
@@ -152,41 +153,41 @@ func TestValid(t *testing.T) {
 func TestArguments(t *testing.T) {
 	z := allMazes(2, 2)[0]
 	for _, start := range []int{-1, 2} {
-		if l, e := Walk(z, start, nil); l != nil || e != api.ErrArg {
+		if l, e := maze.Walk(z, start, nil); l != nil || e != api.ErrArg {
 			t.Error("Walk", start, e)
 		}
-		if ok, e := Visits(z, start, nil); ok || e != api.ErrArg {
+		if ok, e := maze.Visits(z, start, nil); ok || e != api.ErrArg {
 			t.Error("Visits", start, e)
 		}
 	}
 	for _, word := range [][]int{{2}, {0, -1}, make([]int, api.MaxWord+1)} {
-		if l, e := Walk(z, 0, word); l != nil || e != api.ErrArg {
+		if l, e := maze.Walk(z, 0, word); l != nil || e != api.ErrArg {
 			t.Error("Walk", e)
 		}
-		if ok, e := Visits(z, 0, word); ok || e != api.ErrArg {
+		if ok, e := maze.Visits(z, 0, word); ok || e != api.ErrArg {
 			t.Error("Visits", e)
 		}
-		if ok, e := Check(2, 2, word); ok || e != api.ErrArg {
+		if ok, e := maze.Check(2, 2, word); ok || e != api.ErrArg {
 			t.Error("Check", e)
 		}
 	}
-	if l, e := Walk(z, 0, make([]int, api.MaxWord)); len(l) != api.MaxWord+1 || e != api.OK {
+	if l, e := maze.Walk(z, 0, make([]int, api.MaxWord)); len(l) != api.MaxWord+1 || e != api.OK {
 		t.Error("Walk", e)
 	}
-	if ok, e := Check(1, 1, make([]int, api.MaxWalk)); !ok || e != api.OK {
+	if ok, e := maze.Check(1, 1, make([]int, api.MaxWalk)); !ok || e != api.OK {
 		t.Error("Check", ok, e)
 	}
-	if ok, e := Check(1, 1, make([]int, api.MaxWalk+1)); ok || e != api.ErrArg {
+	if ok, e := maze.Check(1, 1, make([]int, api.MaxWalk+1)); ok || e != api.ErrArg {
 		t.Error("Check", ok, e)
 	}
 	for _, size := range badSizes() {
-		if a, b, e := Mazes(size[0], size[1]); a != 0 || b != 0 || e != api.ErrArg {
+		if a, b, e := maze.Mazes(size[0], size[1]); a != 0 || b != 0 || e != api.ErrArg {
 			t.Error("Mazes", size, e)
 		}
-		if ok, e := Check(size[0], size[1], nil); ok || e != api.ErrArg {
+		if ok, e := maze.Check(size[0], size[1], nil); ok || e != api.ErrArg {
 			t.Error("Check", size, e)
 		}
-		if w, e := Universal(size[0], size[1]); w != nil || e != api.ErrArg {
+		if w, e := maze.Universal(size[0], size[1]); w != nil || e != api.ErrArg {
 			t.Error("Universal", size, e)
 		}
 	}
@@ -198,11 +199,11 @@ func TestWalk(t *testing.T) {
 	for _, z := range someMazes() {
 		word := sample.Word(next, len(z.Doors[0]), next(30))
 		start := next(len(z.Doors))
-		if l, e := Walk(z, start, word); !slices.Equal(l, walk(z, start, word)) || e != api.OK {
+		if l, e := maze.Walk(z, start, word); !slices.Equal(l, walk(z, start, word)) || e != api.OK {
 			t.Fatal(z, start, word, l, e)
 		}
 		want := visitsAll(z, start, word)
-		if ok, e := Visits(z, start, word); ok != want || e != api.OK {
+		if ok, e := maze.Visits(z, start, word); ok != want || e != api.OK {
 			t.Fatal(z, start, word, ok, e)
 		}
 		if want {
@@ -218,7 +219,7 @@ func TestWalk(t *testing.T) {
 
 func TestConnected(t *testing.T) {
 	for _, z := range someMazes() {
-		if ok, e := Connected(z); ok != reached(z) || e != api.OK {
+		if ok, e := maze.Connected(z); ok != reached(z) || e != api.OK {
 			t.Fatal(z, ok, e)
 		}
 	}
@@ -228,7 +229,7 @@ func TestBack(t *testing.T) { // P10.2
 	for _, z := range someMazes() {
 		for r, room := range z.Doors {
 			for d, to := range room {
-				if l, e := Walk(z, r, []int{d, to.Door}); !slices.Equal(l, []int{r, to.Room, r}) || e != api.OK {
+				if l, e := maze.Walk(z, r, []int{d, to.Door}); !slices.Equal(l, []int{r, to.Room, r}) || e != api.OK {
 					t.Fatal(z, r, d, l, e)
 				}
 			}
@@ -246,12 +247,12 @@ func TestNames(t *testing.T) { // P10.4
 				named.Doors[names[r]] = append(named.Doors[names[r]], api.Door{Room: names[to.Room], Door: to.Door})
 			}
 		}
-		one, _ := Connected(z)
-		other, _ := Connected(named)
+		one, _ := maze.Connected(z)
+		other, _ := maze.Connected(named)
 		word := sample.Word(next, len(z.Doors[0]), next(20))
 		start := next(len(names))
-		first, _ := Walk(z, start, word)
-		second, _ := Walk(named, names[start], word)
+		first, _ := maze.Walk(z, start, word)
+		second, _ := maze.Walk(named, names[start], word)
 		for i, r := range first {
 			first[i] = names[r]
 		}
@@ -283,7 +284,7 @@ func TestMazes(t *testing.T) {
 				linked[r] -= choose(r-1, k-1) * linked[k] * ways[(r-k)*size[1]]
 			}
 		}
-		a, b, e := Mazes(size[0], size[1])
+		a, b, e := maze.Mazes(size[0], size[1])
 		if a != ways[size[0]*size[1]] || b != linked[size[0]] || e != api.OK {
 			t.Error(size, a, b, linked[size[0]], e)
 		}
@@ -293,19 +294,19 @@ func TestMazes(t *testing.T) {
 func TestUniversal(t *testing.T) { // P10.1, P10.3
 	next := sample.Numbers(5)
 	for _, size := range sizes() {
-		word, e := Universal(size[0], size[1])
+		word, e := maze.Universal(size[0], size[1])
 		if e != api.OK || len(word) > api.MaxWalk {
 			t.Fatal(size, len(word), e)
 		}
-		if ok, e := Check(size[0], size[1], word); !ok || e != api.OK {
+		if ok, e := maze.Check(size[0], size[1], word); !ok || e != api.OK {
 			t.Fatal(size, word, ok, e)
 		}
 		more := slices.Concat(sample.Word(next, size[1], next(9)), word, sample.Word(next, size[1], next(9)))
-		if ok, e := Check(size[0], size[1], more); !ok || e != api.OK {
+		if ok, e := maze.Check(size[0], size[1], more); !ok || e != api.OK {
 			t.Fatal(size, more, ok, e)
 		}
 		more = append(sample.Word(next, size[1], api.MaxWalk-len(word)), word...)
-		if ok, e := Check(size[0], size[1], more); !ok || e != api.OK {
+		if ok, e := maze.Check(size[0], size[1], more); !ok || e != api.OK {
 			t.Fatal(size, more, ok, e)
 		}
 	}
@@ -327,7 +328,7 @@ func TestCheck(t *testing.T) {
 				}
 			}
 		}
-		word, _ := Universal(size[0], size[1])
+		word, _ := maze.Universal(size[0], size[1])
 		for range 20 {
 			want := true
 			for _, z := range list {
@@ -335,7 +336,7 @@ func TestCheck(t *testing.T) {
 					want = want && visitsAll(z, start, word)
 				}
 			}
-			if ok, e := Check(size[0], size[1], word); ok != want || e != api.OK {
+			if ok, e := maze.Check(size[0], size[1], word); ok != want || e != api.OK {
 				t.Fatal(size, word, ok, want, e)
 			}
 			if want {
@@ -352,19 +353,19 @@ func TestCheck(t *testing.T) {
 }
 
 func TestExamples(t *testing.T) {
-	if a, b, e := Mazes(2, 1); a != 2 || b != 1 || e != api.OK {
+	if a, b, e := maze.Mazes(2, 1); a != 2 || b != 1 || e != api.OK {
 		t.Error(a, b, e)
 	}
-	if ok, e := Check(1, 3, nil); !ok || e != api.OK {
+	if ok, e := maze.Check(1, 3, nil); !ok || e != api.OK {
 		t.Error(ok, e)
 	}
-	if ok, e := Check(2, 2, []int{0, 1}); !ok || e != api.OK {
+	if ok, e := maze.Check(2, 2, []int{0, 1}); !ok || e != api.OK {
 		t.Error(ok, e)
 	}
-	if ok, e := Check(2, 2, []int{0}); ok || e != api.OK {
+	if ok, e := maze.Check(2, 2, []int{0}); ok || e != api.OK {
 		t.Error(ok, e)
 	}
-	if ok, e := Visits(api.Maze{Doors: [][]api.Door{{{Room: 0, Door: 0}}}}, 0, nil); !ok || e != api.OK {
+	if ok, e := maze.Visits(api.Maze{Doors: [][]api.Door{{{Room: 0, Door: 0}}}}, 0, nil); !ok || e != api.OK {
 		t.Error(ok, e)
 	}
 }

@@ -1,4 +1,4 @@
-package mealy
+package mealy_test
 
 import (
 	"reflect"
@@ -7,17 +7,9 @@ import (
 	"testing"
 
 	"mizmaze/api"
+	"mizmaze/mealy"
 	"mizmaze/sample"
 )
-
-func parse(t *testing.T, s string) api.Mealy {
-	t.Helper()
-	m, e := Parse(s)
-	if e != api.OK {
-		t.Fatal(s, e)
-	}
-	return m
-}
 
 // machines returns small machines of all kinds, and large ones.
 func machines() []api.Mealy {
@@ -82,81 +74,81 @@ func firstWord(a api.Mealy, x int, b api.Mealy, y, most int) ([]int, bool) {
 
 func TestValid(t *testing.T) {
 	for _, m := range machines() {
-		if !Valid(m) {
+		if !mealy.Valid(m) {
 			t.Error("not valid:", m)
 		}
 	}
 	for _, m := range sample.InvalidMachines() {
-		if Valid(m) {
+		if mealy.Valid(m) {
 			t.Error("valid:", m)
 		}
 	}
 }
 
 func TestForm(t *testing.T) {
-	good := parse(t, "0/0")
+	good := sample.ParseMealy("0/0")
 	for _, m := range sample.InvalidMachines() {
-		if o, s, e := Run(m, -1, nil); o != nil || s != 0 || e != api.ErrForm {
+		if o, s, e := mealy.Run(m, -1, nil); o != nil || s != 0 || e != api.ErrForm {
 			t.Error("Run", m, e)
 		}
-		if l, e := Reached(m, -1); l != nil || e != api.ErrForm {
+		if l, e := mealy.Reached(m, -1); l != nil || e != api.ErrForm {
 			t.Error("Reached", m, e)
 		}
-		if l, e := Classes(m); l != nil || e != api.ErrForm {
+		if l, e := mealy.Classes(m); l != nil || e != api.ErrForm {
 			t.Error("Classes", m, e)
 		}
-		if n, e := Minimal(m); n.Next != nil || n.Out != nil || e != api.ErrForm {
+		if n, e := mealy.Minimal(m); n.Next != nil || n.Out != nil || e != api.ErrForm {
 			t.Error("Minimal", m, e)
 		}
-		if w, e := Apart(m, -1, 0); w != nil || e != api.ErrForm {
+		if w, e := mealy.Apart(m, -1, 0); w != nil || e != api.ErrForm {
 			t.Error("Apart", m, e)
 		}
-		if ok, w, e := Equal(m, -1, good, 0); ok || w != nil || e != api.ErrForm {
+		if ok, w, e := mealy.Equal(m, -1, good, 0); ok || w != nil || e != api.ErrForm {
 			t.Error("Equal", m, e)
 		}
-		if ok, w, e := Equal(good, -1, m, 0); ok || w != nil || e != api.ErrForm {
+		if ok, w, e := mealy.Equal(good, -1, m, 0); ok || w != nil || e != api.ErrForm {
 			t.Error("Equal", m, e)
 		}
-		if s, e := Text(m); s != "" || e != api.ErrForm {
+		if s, e := mealy.Text(m); s != "" || e != api.ErrForm {
 			t.Error("Text", m, e)
 		}
 	}
 }
 
 func TestArguments(t *testing.T) {
-	m := parse(t, "1/0.0/1 0/0.1/0")
+	m := sample.ParseMealy("1/0.0/1 0/0.1/0")
 	for _, s := range []int{-1, 2} {
-		if o, r, e := Run(m, s, nil); o != nil || r != 0 || e != api.ErrArg {
+		if o, r, e := mealy.Run(m, s, nil); o != nil || r != 0 || e != api.ErrArg {
 			t.Error("Run", s, e)
 		}
-		if l, e := Reached(m, s); l != nil || e != api.ErrArg {
+		if l, e := mealy.Reached(m, s); l != nil || e != api.ErrArg {
 			t.Error("Reached", s, e)
 		}
-		if w, e := Apart(m, s, 0); w != nil || e != api.ErrArg {
+		if w, e := mealy.Apart(m, s, 0); w != nil || e != api.ErrArg {
 			t.Error("Apart", s, e)
 		}
-		if w, e := Apart(m, 0, s); w != nil || e != api.ErrArg {
+		if w, e := mealy.Apart(m, 0, s); w != nil || e != api.ErrArg {
 			t.Error("Apart", s, e)
 		}
-		if ok, w, e := Equal(m, s, m, 0); ok || w != nil || e != api.ErrArg {
+		if ok, w, e := mealy.Equal(m, s, m, 0); ok || w != nil || e != api.ErrArg {
 			t.Error("Equal", s, e)
 		}
-		if ok, w, e := Equal(m, 0, m, s); ok || w != nil || e != api.ErrArg {
+		if ok, w, e := mealy.Equal(m, 0, m, s); ok || w != nil || e != api.ErrArg {
 			t.Error("Equal", s, e)
 		}
 	}
-	if w, e := Apart(m, 2, 2); w != nil || e != api.ErrArg {
+	if w, e := mealy.Apart(m, 2, 2); w != nil || e != api.ErrArg {
 		t.Error("Apart", w, e)
 	}
 	for _, word := range [][]int{{2}, {0, -1}, make([]int, api.MaxWord+1)} {
-		if o, s, e := Run(m, 1, word); o != nil || s != 0 || e != api.ErrArg {
+		if o, s, e := mealy.Run(m, 1, word); o != nil || s != 0 || e != api.ErrArg {
 			t.Error("Run", e)
 		}
 	}
-	if ok, w, e := Equal(m, 0, parse(t, "0/0"), 0); ok || w != nil || e != api.ErrArg {
+	if ok, w, e := mealy.Equal(m, 0, sample.ParseMealy("0/0"), 0); ok || w != nil || e != api.ErrArg {
 		t.Error("Equal", ok, w, e)
 	}
-	if o, s, e := Run(m, 1, make([]int, api.MaxWord)); len(o) != api.MaxWord || s != 1 || e != api.OK {
+	if o, s, e := mealy.Run(m, 1, make([]int, api.MaxWord)); len(o) != api.MaxWord || s != 1 || e != api.OK {
 		t.Error("Run", len(o), s, e)
 	}
 }
@@ -167,9 +159,9 @@ func TestParts(t *testing.T) { // P7.1
 		letters := len(m.Next[0])
 		u, v := sample.Word(next, letters, next(6)), sample.Word(next, letters, next(6))
 		for s := range m.Next {
-			first, middle, e := Run(m, s, u)
-			second, end, f := Run(m, middle, v)
-			whole, reached, g := Run(m, s, slices.Concat(u, v))
+			first, middle, e := mealy.Run(m, s, u)
+			second, end, f := mealy.Run(m, middle, v)
+			whole, reached, g := mealy.Run(m, s, slices.Concat(u, v))
 			if e != api.OK || f != api.OK || g != api.OK || reached != end || !slices.Equal(whole, slices.Concat(first, second)) {
 				t.Fatal(m, s, u, v)
 			}
@@ -183,7 +175,7 @@ func TestParts(t *testing.T) { // P7.1
 func TestReached(t *testing.T) {
 	for _, m := range machines() {
 		for s := range m.Next {
-			reached, e := Reached(m, s)
+			reached, e := mealy.Reached(m, s)
 			if e != api.OK || !slices.Contains(reached, s) || !slices.IsSorted(reached) {
 				t.Fatal(m, s, reached, e)
 			}
@@ -202,14 +194,14 @@ func TestReached(t *testing.T) {
 			}
 		}
 	}
-	if l, e := Reached(parse(t, "1/0 2/0 1/0 0/0"), 0); !slices.Equal(l, []int{0, 1, 2}) || e != api.OK {
+	if l, e := mealy.Reached(sample.ParseMealy("1/0 2/0 1/0 0/0"), 0); !slices.Equal(l, []int{0, 1, 2}) || e != api.OK {
 		t.Error(l, e)
 	}
 }
 
 func TestClasses(t *testing.T) { // P7.2
 	for _, m := range machines() {
-		classes, e := Classes(m)
+		classes, e := mealy.Classes(m)
 		if e != api.OK || len(classes) != len(m.Next) {
 			t.Fatal(m, classes, e)
 		}
@@ -231,9 +223,9 @@ func TestClasses(t *testing.T) { // P7.2
 
 func TestMinimal(t *testing.T) { // P7.2
 	for _, m := range machines() {
-		minimal, e := Minimal(m)
-		classes, _ := Classes(m)
-		if e != api.OK || !Valid(minimal) || len(minimal.Next) != slices.Max(classes)+1 {
+		minimal, e := mealy.Minimal(m)
+		classes, _ := mealy.Classes(m)
+		if e != api.OK || !mealy.Valid(minimal) || len(minimal.Next) != slices.Max(classes)+1 {
 			t.Fatal(m, minimal, e)
 		}
 		alike := equivalent(m, minimal)
@@ -242,8 +234,8 @@ func TestMinimal(t *testing.T) { // P7.2
 				t.Fatal(m, minimal, s)
 			}
 		}
-		own, _ := Classes(minimal)
-		if again, e := Minimal(minimal); e != api.OK || !reflect.DeepEqual(again, minimal) || !slices.Equal(own, sortedUnique(classes)) {
+		own, _ := mealy.Classes(minimal)
+		if again, e := mealy.Minimal(minimal); e != api.OK || !reflect.DeepEqual(again, minimal) || !slices.Equal(own, sortedUnique(classes)) {
 			t.Fatal(m, minimal, again)
 		}
 	}
@@ -257,11 +249,11 @@ func sortedUnique(list []int) []int {
 
 func TestApart(t *testing.T) { // P7.3
 	for _, m := range machines() {
-		classes, _ := Classes(m)
+		classes, _ := mealy.Classes(m)
 		most := slices.Max(classes)
 		for x := range m.Next {
 			for y := range m.Next {
-				word, e := Apart(m, x, y)
+				word, e := mealy.Apart(m, x, y)
 				if classes[x] == classes[y] {
 					if word != nil || e != api.ErrNone {
 						t.Fatal(m, x, y, word, e)
@@ -288,7 +280,7 @@ func TestApart(t *testing.T) { // P7.3
 func TestLongApart(t *testing.T) { // P7.3: the counter needs as many letters as there can be
 	large := sample.LargeMachines()
 	counter := large[len(large)-1]
-	word, e := Apart(counter, 58, 59)
+	word, e := mealy.Apart(counter, 58, 59)
 	if e != api.OK || len(word) != 59 || slices.Max(word) != 0 {
 		t.Error(len(word), e)
 	}
@@ -306,7 +298,7 @@ func TestEqual(t *testing.T) { // P7.3
 		alike := equivalent(a, b)
 		for range 20 {
 			x, y := next(len(a.Next)), next(len(b.Next))
-			equal, word, e := Equal(a, x, b, y)
+			equal, word, e := mealy.Equal(a, x, b, y)
 			if e != api.OK || equal != alike[x][y] || len(word) >= len(a.Next)+len(b.Next) {
 				t.Fatal(a, b, x, y, equal, word, e)
 			}
@@ -334,17 +326,17 @@ func TestEqual(t *testing.T) { // P7.3
 func TestStrings(t *testing.T) { // P7.4
 	next := sample.Numbers(3)
 	for _, m := range machines() {
-		s, e := Text(m)
+		s, e := mealy.Text(m)
 		if e != api.OK {
 			t.Fatal(m, e)
 		}
-		if n, e := Parse(s); e != api.OK || !reflect.DeepEqual(m, n) {
+		if n, e := mealy.Parse(s); e != api.OK || !reflect.DeepEqual(m, n) {
 			t.Fatal(s, n, e)
 		}
 		i := next(len(s))
 		changed := s[:i] + string("0123456789. -+/x"[next(16)]) + s[i+1:]
-		n, e := Parse(changed)
-		if again, _ := Text(n); e == api.OK && again != changed || e != api.OK && (e != api.ErrParse || n.Next != nil || n.Out != nil) {
+		n, e := mealy.Parse(changed)
+		if again, _ := mealy.Text(n); e == api.OK && again != changed || e != api.OK && (e != api.ErrParse || n.Next != nil || n.Out != nil) {
 			t.Fatal(changed, n, e)
 		}
 	}
@@ -356,33 +348,33 @@ func TestParseRefuses(t *testing.T) {
 		"1/0.0/1  0/0.1/1", "1/0.0/1 0/0", "0/0.0/0.0/0.0/0.0/0.0/0.0/0", "0/0\n", "0 /0", "0/99999999999999999999",
 		strings.Repeat("0/0 ", 60) + "0/0", strings.Repeat("0/0 ", 100000),
 	} {
-		if m, e := Parse(s); e != api.ErrParse || m.Next != nil || m.Out != nil {
+		if m, e := mealy.Parse(s); e != api.ErrParse || m.Next != nil || m.Out != nil {
 			t.Errorf("%q: %v %d", s, m, e)
 		}
 	}
 	longest := strings.TrimSuffix(strings.Repeat(strings.TrimSuffix(strings.Repeat("59/15.", 6), ".")+" ", 60), " ")
-	if m, e := Parse(longest); e != api.OK || len(m.Next) != 60 {
+	if m, e := mealy.Parse(longest); e != api.OK || len(m.Next) != 60 {
 		t.Error(e)
 	}
 }
 
 func TestMemory(t *testing.T) {
-	m := parse(t, "1/0.0/1 0/0.1/0")
-	minimal, _ := Minimal(m)
+	m := sample.ParseMealy("1/0.0/1 0/0.1/0")
+	minimal, _ := mealy.Minimal(m)
 	minimal.Next[0][0], minimal.Out[0][0] = 9, 9
-	if s, _ := Text(m); s != "1/0.0/1 0/0.1/0" {
+	if s, _ := mealy.Text(m); s != "1/0.0/1 0/0.1/0" {
 		t.Error(s)
 	}
 }
 
 func TestExamples(t *testing.T) {
-	if l, e := Classes(parse(t, "1/0.0/1 0/0.1/1")); !slices.Equal(l, []int{0, 0}) || e != api.OK {
+	if l, e := mealy.Classes(sample.ParseMealy("1/0.0/1 0/0.1/1")); !slices.Equal(l, []int{0, 0}) || e != api.OK {
 		t.Error(l, e)
 	}
-	if w, e := Apart(parse(t, "1/0.0/1 0/0.1/0"), 0, 1); !slices.Equal(w, []int{1}) || e != api.OK {
+	if w, e := mealy.Apart(sample.ParseMealy("1/0.0/1 0/0.1/0"), 0, 1); !slices.Equal(w, []int{1}) || e != api.OK {
 		t.Error(w, e)
 	}
-	if o, s, e := Run(parse(t, "1/0.0/1 0/0.1/0"), 0, []int{1, 0, 1}); !slices.Equal(o, []int{1, 0, 0}) || s != 1 || e != api.OK {
+	if o, s, e := mealy.Run(sample.ParseMealy("1/0.0/1 0/0.1/0"), 0, []int{1, 0, 1}); !slices.Equal(o, []int{1, 0, 0}) || s != 1 || e != api.OK {
 		t.Error(o, s, e)
 	}
 }

@@ -1,4 +1,4 @@
-package net
+package net_test
 
 import (
 	"slices"
@@ -8,17 +8,9 @@ import (
 
 	"mizmaze/api"
 	"mizmaze/auto"
+	"mizmaze/net"
 	"mizmaze/sample"
 )
-
-func parse(t *testing.T, s string) api.Auto {
-	t.Helper()
-	a, e := auto.Parse(s)
-	if e != api.OK {
-		t.Fatal(s, e)
-	}
-	return a
-}
 
 // autos returns small automata of all kinds, and large ones.
 func autos() []api.Auto {
@@ -76,19 +68,19 @@ func strong(reach [][]bool) bool {
 
 func TestForm(t *testing.T) {
 	for _, a := range sample.InvalidAutos() {
-		if ok, e := Connected(a); ok || e != api.ErrForm {
+		if ok, e := net.Connected(a); ok || e != api.ErrForm {
 			t.Error("Connected", a, e)
 		}
-		if w, e := Path(a, -1, -1); w != nil || e != api.ErrForm {
+		if w, e := net.Path(a, -1, -1); w != nil || e != api.ErrForm {
 			t.Error("Path", a, e)
 		}
-		if l, e := Sinks(a); l != nil || e != api.ErrForm {
+		if l, e := net.Sinks(a); l != nil || e != api.ErrForm {
 			t.Error("Sinks", a, e)
 		}
-		if p, e := Period(a); p != 0 || e != api.ErrForm {
+		if p, e := net.Period(a); p != 0 || e != api.ErrForm {
 			t.Error("Period", a, e)
 		}
-		if l, e := Classes(a); l != nil || e != api.ErrForm {
+		if l, e := net.Classes(a); l != nil || e != api.ErrForm {
 			t.Error("Classes", a, e)
 		}
 	}
@@ -96,7 +88,7 @@ func TestForm(t *testing.T) {
 
 func TestConnected(t *testing.T) {
 	for _, a := range autos() {
-		if ok, e := Connected(a); ok != strong(closure(a)) || e != api.OK {
+		if ok, e := net.Connected(a); ok != strong(closure(a)) || e != api.OK {
 			t.Fatal(a, ok, e)
 		}
 	}
@@ -119,7 +111,7 @@ func TestPath(t *testing.T) {
 // checkPath compares a path with the first word, in order, of the least length that leads there.
 func checkPath(t *testing.T, a api.Auto, s, q int, levels [][]bool) {
 	t.Helper()
-	word, e := Path(a, s, q)
+	word, e := net.Path(a, s, q)
 	least := slices.IndexFunc(levels, func(level []bool) bool { return level[q] })
 	if least < 0 {
 		if word != nil || e != api.ErrNone {
@@ -145,9 +137,9 @@ func checkPath(t *testing.T, a api.Auto, s, q int, levels [][]bool) {
 }
 
 func TestPathArguments(t *testing.T) {
-	a := parse(t, "1.0 0.0")
+	a := sample.ParseAuto("1.0 0.0")
 	for _, pair := range [][2]int{{-1, 0}, {0, -1}, {2, 0}, {0, 2}} {
-		if w, e := Path(a, pair[0], pair[1]); w != nil || e != api.ErrArg {
+		if w, e := net.Path(a, pair[0], pair[1]); w != nil || e != api.ErrArg {
 			t.Error(pair, e)
 		}
 	}
@@ -155,7 +147,7 @@ func TestPathArguments(t *testing.T) {
 	for s := range long {
 		long[s] = "0." + strconv.Itoa(min(s+1, 59))
 	}
-	if w, e := Path(parse(t, strings.Join(long, " ")), 0, 59); e != api.OK || len(w) != 59 || slices.Contains(w, 0) {
+	if w, e := net.Path(sample.ParseAuto(strings.Join(long, " ")), 0, 59); e != api.OK || len(w) != 59 || slices.Contains(w, 0) {
 		t.Error(w, e)
 	}
 }
@@ -163,7 +155,7 @@ func TestPathArguments(t *testing.T) {
 func TestSinks(t *testing.T) { // P2.3
 	for _, a := range autos() {
 		reach := closure(a)
-		sinks, e := Sinks(a)
+		sinks, e := net.Sinks(a)
 		if e != api.OK || len(sinks) == 0 {
 			t.Fatal(a, sinks, e)
 		}
@@ -206,7 +198,7 @@ func TestOneSink(t *testing.T) { // P2.4
 				continue
 			}
 			found++
-			if sinks, _ := Sinks(a); len(sinks) != 1 || !slices.Contains(sinks[0], image[0]) {
+			if sinks, _ := net.Sinks(a); len(sinks) != 1 || !slices.Contains(sinks[0], image[0]) {
 				t.Fatal(a, word, sinks)
 			}
 		}
@@ -218,8 +210,8 @@ func TestOneSink(t *testing.T) { // P2.4
 
 func TestPeriod(t *testing.T) { // P2.1
 	for _, a := range autos() {
-		period, e := Period(a)
-		classes, ce := Classes(a)
+		period, e := net.Period(a)
+		classes, ce := net.Classes(a)
 		if !strong(closure(a)) {
 			if period != 0 || e != api.ErrArg || classes != nil || ce != api.ErrArg {
 				t.Fatal(a, period, e, classes, ce)
@@ -241,7 +233,7 @@ func TestPeriod(t *testing.T) { // P2.1
 		divisor := 0
 		for length, level := range after(a, 0, 2*n*n) {
 			if level[0] {
-				divisor = gcd(length, divisor)
+				divisor = common(length, divisor)
 			}
 		}
 		if divisor != period {
@@ -250,10 +242,18 @@ func TestPeriod(t *testing.T) { // P2.1
 	}
 }
 
+// common returns the greatest common divisor of two numbers, of which the second one may be 0.
+func common(a, b int) int {
+	if b == 0 {
+		return a
+	}
+	return common(b, a%b)
+}
+
 func TestEveryLength(t *testing.T) { // P2.2
 	found := 0
 	for _, a := range autos() {
-		if period, _ := Period(a); period != 1 {
+		if period, _ := net.Period(a); period != 1 {
 			continue
 		}
 		found++
@@ -272,24 +272,24 @@ func TestEveryLength(t *testing.T) { // P2.2
 }
 
 func TestExamples(t *testing.T) {
-	a := parse(t, "1.1 2.2 0.0")
-	if ok, e := Connected(a); !ok || e != api.OK {
+	a := sample.ParseAuto("1.1 2.2 0.0")
+	if ok, e := net.Connected(a); !ok || e != api.OK {
 		t.Error(ok, e)
 	}
-	if p, e := Period(a); p != 3 || e != api.OK {
+	if p, e := net.Period(a); p != 3 || e != api.OK {
 		t.Error(p, e)
 	}
-	if l, e := Classes(a); !slices.Equal(l, []int{0, 1, 2}) || e != api.OK {
+	if l, e := net.Classes(a); !slices.Equal(l, []int{0, 1, 2}) || e != api.OK {
 		t.Error(l, e)
 	}
-	if p, e := Period(parse(t, "1.0 0.0")); p != 1 || e != api.OK {
+	if p, e := net.Period(sample.ParseAuto("1.0 0.0")); p != 1 || e != api.OK {
 		t.Error(p, e)
 	}
-	l, e := Sinks(parse(t, "1.1 1.1 2.2"))
+	l, e := net.Sinks(sample.ParseAuto("1.1 1.1 2.2"))
 	if len(l) != 2 || !slices.Equal(l[0], []int{1}) || !slices.Equal(l[1], []int{2}) || e != api.OK {
 		t.Error(l, e)
 	}
-	if p, e := Period(parse(t, "0")); p != 1 || e != api.OK {
+	if p, e := net.Period(sample.ParseAuto("0")); p != 1 || e != api.OK {
 		t.Error(p, e)
 	}
 }

@@ -1,4 +1,4 @@
-package proof
+package proof_test
 
 import (
 	"math"
@@ -9,44 +9,26 @@ import (
 	"testing"
 
 	"mizmaze/api"
-	"mizmaze/auto"
 	"mizmaze/color"
 	"mizmaze/home"
 	"mizmaze/maze"
 	"mizmaze/mealy"
 	"mizmaze/net"
+	"mizmaze/proof"
 	"mizmaze/reset"
 	"mizmaze/sample"
 )
 
-func anAuto(t *testing.T, s string) api.Auto {
-	t.Helper()
-	a, e := auto.Parse(s)
-	if e != api.OK {
-		t.Fatal(s, e)
-	}
-	return a
-}
-
-func aMachine(t *testing.T, s string) api.Mealy {
-	t.Helper()
-	m, e := mealy.Parse(s)
-	if e != api.OK {
-		t.Fatal(s, e)
-	}
-	return m
-}
-
 // proofs returns a claim of each kind that is proved.
-func proofs(t *testing.T) []api.Claim {
-	wayHome := aMachine(t, "1/0.0/1 0/0.1/0")
+func proofs() []api.Claim {
+	wayHome := sample.ParseMealy("1/0.0/1 0/0.1/0")
 	return []api.Claim{
-		{Kind: api.ClaimReset, Auto: anAuto(t, "1.0 2.1 0.0"), Word: []int{1, 0, 0, 1}},
-		{Kind: api.ClaimNone, Auto: anAuto(t, "1.1 0.0"), Pairs: [][2]int{{0, 1}}},
-		{Kind: api.ClaimRoad, Auto: anAuto(t, "1.0 0.1"), Other: anAuto(t, "1.0 1.0"), Word: []int{1}},
-		{Kind: api.ClaimPeriod, Auto: anAuto(t, "1.1 2.2 0.0"), Number: 3, Classes: []int{1, 2, 0}},
+		{Kind: api.ClaimReset, Auto: sample.ParseAuto("1.0 2.1 0.0"), Word: []int{1, 0, 0, 1}},
+		{Kind: api.ClaimNone, Auto: sample.ParseAuto("1.1 0.0"), Pairs: [][2]int{{0, 1}}},
+		{Kind: api.ClaimRoad, Auto: sample.ParseAuto("1.0 0.1"), Other: sample.ParseAuto("1.0 1.0"), Word: []int{1}},
+		{Kind: api.ClaimPeriod, Auto: sample.ParseAuto("1.1 2.2 0.0"), Number: 3, Classes: []int{1, 2, 0}},
 		{Kind: api.ClaimHome, Mealy: wayHome, Word: []int{1}},
-		{Kind: api.ClaimAlike, Mealy: aMachine(t, "1/0.0/1 0/0.1/1"), Classes: []int{-7, -7}},
+		{Kind: api.ClaimAlike, Mealy: sample.ParseMealy("1/0.0/1 0/0.1/1"), Classes: []int{-7, -7}},
 		{Kind: api.ClaimApart, Mealy: wayHome, Word: []int{0, 1}, Pairs: [][2]int{{1, 0}}},
 		{Kind: api.ClaimMaze, Number: 2, Doors: 2, Word: []int{0, 1}},
 	}
@@ -96,13 +78,13 @@ func anyClaim(next func(int) int) api.Claim {
 }
 
 func isProved(c api.Claim) bool {
-	ok, e := Check(c)
+	ok, e := proof.Check(c)
 	return ok && e == api.OK
 }
 
 func TestProofs(t *testing.T) {
-	for kind, c := range proofs(t) {
-		if ok, e := Check(c); !ok || e != api.OK || c.Kind != kind {
+	for kind, c := range proofs() {
+		if ok, e := proof.Check(c); !ok || e != api.OK || c.Kind != kind {
 			t.Error(c, ok, e)
 		}
 	}
@@ -111,10 +93,10 @@ func TestProofs(t *testing.T) {
 func TestPlain(t *testing.T) {
 	uses := []string{"Auto Word", "Auto Pairs", "Auto Other Word", "Auto Number Classes", "Mealy Word", "Mealy Classes", "Mealy Word Pairs", "Number Doors Word"}
 	some := map[string]any{
-		"Auto": anAuto(t, "0"), "Other": anAuto(t, "0"), "Mealy": api.Mealy{Out: [][]int{{0}}}, "Number": -1, "Doors": 1,
+		"Auto": sample.ParseAuto("0"), "Other": sample.ParseAuto("0"), "Mealy": api.Mealy{Out: [][]int{{0}}}, "Number": -1, "Doors": 1,
 		"Word": []int{0}, "Classes": []int{0}, "Pairs": [][2]int{{0, 0}},
 	}
-	for kind, c := range proofs(t) {
+	for kind, c := range proofs() {
 		for name, value := range some {
 			changed := c
 			reflect.ValueOf(&changed).Elem().FieldByName(name).Set(reflect.ValueOf(value))
@@ -122,35 +104,35 @@ func TestPlain(t *testing.T) {
 			if slices.Contains(strings.Split(uses[kind], " "), name) {
 				want = api.OK
 			}
-			if ok, e := Check(changed); e != want || e != api.OK && ok {
+			if ok, e := proof.Check(changed); e != want || e != api.OK && ok {
 				t.Error("Check", kind, name, ok, e)
 			}
-			if s, e := Text(changed); e != want || e != api.OK && s != "" {
+			if s, e := proof.Text(changed); e != want || e != api.OK && s != "" {
 				t.Error("Text", kind, name, s, e)
 			}
 		}
 		// Empty slices are as good as nil.
 		if c.Kind == api.ClaimReset {
 			c.Other, c.Mealy, c.Classes, c.Pairs = api.Auto{Next: [][]int{}}, api.Mealy{Next: [][]int{}, Out: [][]int{}}, []int{}, [][2]int{}
-			if ok, e := Check(c); !ok || e != api.OK {
+			if ok, e := proof.Check(c); !ok || e != api.OK {
 				t.Error(ok, e)
 			}
 		}
 	}
 	for _, kind := range []int{-1, api.ClaimKinds, math.MinInt} {
-		if ok, e := Check(api.Claim{Kind: kind}); ok || e != api.ErrForm {
+		if ok, e := proof.Check(api.Claim{Kind: kind}); ok || e != api.ErrForm {
 			t.Error("Check", kind, e)
 		}
-		if s, e := Text(api.Claim{Kind: kind}); s != "" || e != api.ErrForm {
+		if s, e := proof.Text(api.Claim{Kind: kind}); s != "" || e != api.ErrForm {
 			t.Error("Text", kind, e)
 		}
 	}
 }
 
 func TestNotProved(t *testing.T) {
-	a, m := anAuto(t, "1.0 0.0"), aMachine(t, "1/0.0/1 0/0.1/0")
-	alike := aMachine(t, "1/0.0/1 0/0.1/1")
-	apart, around := anAuto(t, "1.1 0.0"), anAuto(t, "1.1 2.2 0.0")
+	a, m := sample.ParseAuto("1.0 0.0"), sample.ParseMealy("1/0.0/1 0/0.1/0")
+	alike := sample.ParseMealy("1/0.0/1 0/0.1/1")
+	apart, around := sample.ParseAuto("1.1 0.0"), sample.ParseAuto("1.1 2.2 0.0")
 	var wrong api.Auto
 	wrong.Next = [][]int{{2}}
 	var wrongMachine api.Mealy
@@ -172,14 +154,14 @@ func TestNotProved(t *testing.T) {
 		{Kind: api.ClaimNone, Auto: a, Pairs: [][2]int{{0, 1}}},
 		{Kind: api.ClaimNone, Auto: around, Pairs: [][2]int{{0, 1}, {1, 2}}},
 		{Kind: api.ClaimRoad},
-		{Kind: api.ClaimRoad, Auto: anAuto(t, "1.0 0.1"), Other: anAuto(t, "1.0 0.1"), Word: []int{1}},
-		{Kind: api.ClaimRoad, Auto: anAuto(t, "1.0 0.1"), Other: anAuto(t, "1.0 0.0"), Word: []int{1}},
+		{Kind: api.ClaimRoad, Auto: sample.ParseAuto("1.0 0.1"), Other: sample.ParseAuto("1.0 0.1"), Word: []int{1}},
+		{Kind: api.ClaimRoad, Auto: sample.ParseAuto("1.0 0.1"), Other: sample.ParseAuto("1.0 0.0"), Word: []int{1}},
 		{Kind: api.ClaimRoad, Auto: wrong, Other: a, Word: []int{1}},
 		{Kind: api.ClaimRoad, Auto: a, Other: a, Word: []int{2}},
 		{Kind: api.ClaimPeriod},
 		{Kind: api.ClaimPeriod, Auto: wrong, Number: 2, Classes: []int{0}},
-		{Kind: api.ClaimPeriod, Auto: anAuto(t, "0"), Number: 1, Classes: []int{0}},
-		{Kind: api.ClaimPeriod, Auto: anAuto(t, "0"), Number: 0, Classes: []int{0}},
+		{Kind: api.ClaimPeriod, Auto: sample.ParseAuto("0"), Number: 1, Classes: []int{0}},
+		{Kind: api.ClaimPeriod, Auto: sample.ParseAuto("0"), Number: 0, Classes: []int{0}},
 		{Kind: api.ClaimPeriod, Auto: around, Number: 2, Classes: []int{0, 1, 0}},
 		{Kind: api.ClaimPeriod, Auto: around, Number: 3, Classes: []int{0, 2, 1}},
 		{Kind: api.ClaimPeriod, Auto: around, Number: 3, Classes: []int{0, 1}},
@@ -196,7 +178,7 @@ func TestNotProved(t *testing.T) {
 		{Kind: api.ClaimAlike, Mealy: alike, Classes: []int{0}},
 		{Kind: api.ClaimAlike, Mealy: alike, Classes: []int{0, 0, 0}},
 		{Kind: api.ClaimAlike, Mealy: m, Classes: []int{0, 0}},
-		{Kind: api.ClaimAlike, Mealy: aMachine(t, "0/0 2/0 2/0"), Classes: []int{0, 0, 1}},
+		{Kind: api.ClaimAlike, Mealy: sample.ParseMealy("0/0 2/0 2/0"), Classes: []int{0, 0, 1}},
 		{Kind: api.ClaimApart, Mealy: m, Word: []int{1}},
 		{Kind: api.ClaimApart, Mealy: m, Word: []int{1}, Pairs: [][2]int{{0, 1}, {0, 1}}},
 		{Kind: api.ClaimApart, Mealy: m, Word: []int{1}, Pairs: [][2]int{{0, 2}}},
@@ -211,25 +193,25 @@ func TestNotProved(t *testing.T) {
 		{Kind: api.ClaimMaze, Number: 7, Doors: 2, Word: []int{0, 1}},
 		{Kind: api.ClaimMaze, Number: 1, Doors: 1, Word: make([]int, api.MaxWalk+1)},
 	} {
-		if ok, e := Check(c); ok || e != api.OK {
+		if ok, e := proof.Check(c); ok || e != api.OK {
 			t.Error(i, c.Kind, ok, e)
 		}
 	}
 }
 
 func TestProvedToo(t *testing.T) {
-	around := anAuto(t, "1.1 2.2 0.0")
+	around := sample.ParseAuto("1.1 2.2 0.0")
 	for i, c := range []api.Claim{
-		{Kind: api.ClaimReset, Auto: anAuto(t, "0")},
-		{Kind: api.ClaimReset, Auto: anAuto(t, "1.0 0.0"), Word: append(make([]int, api.MaxWord-1), 1)},
+		{Kind: api.ClaimReset, Auto: sample.ParseAuto("0")},
+		{Kind: api.ClaimReset, Auto: sample.ParseAuto("1.0 0.0"), Word: append(make([]int, api.MaxWord-1), 1)},
 		{Kind: api.ClaimNone, Auto: around, Pairs: [][2]int{{1, 2}, {0, 1}, {0, 2}, {1, 2}}},
-		{Kind: api.ClaimPeriod, Auto: anAuto(t, "1 0"), Number: 2, Classes: []int{1, 0}},
-		{Kind: api.ClaimHome, Mealy: aMachine(t, "0/0")},
-		{Kind: api.ClaimAlike, Mealy: aMachine(t, "1/0.0/1 0/0.1/0"), Classes: []int{math.MaxInt, math.MinInt}},
+		{Kind: api.ClaimPeriod, Auto: sample.ParseAuto("1 0"), Number: 2, Classes: []int{1, 0}},
+		{Kind: api.ClaimHome, Mealy: sample.ParseMealy("0/0")},
+		{Kind: api.ClaimAlike, Mealy: sample.ParseMealy("1/0.0/1 0/0.1/0"), Classes: []int{math.MaxInt, math.MinInt}},
 		{Kind: api.ClaimMaze, Number: 1, Doors: 6},
 		{Kind: api.ClaimMaze, Number: 12, Doors: 1, Word: []int{0}},
 	} {
-		if ok, e := Check(c); !ok || e != api.OK {
+		if ok, e := proof.Check(c); !ok || e != api.OK {
 			t.Error(i, c.Kind, ok, e)
 		}
 	}
@@ -370,16 +352,16 @@ func TestStrings(t *testing.T) { // P11.6
 	accepted := 0
 	for range 3000 {
 		c := anyClaim(next)
-		s, e := Text(c)
+		s, e := proof.Text(c)
 		if e != api.OK {
 			t.Fatal(c, e)
 		}
-		if back, e := Parse(s); e != api.OK || !reflect.DeepEqual(back, c) {
+		if back, e := proof.Parse(s); e != api.OK || !reflect.DeepEqual(back, c) {
 			t.Fatal(s, back, e)
 		}
 		i := next(len(s))
 		changed := s[:i] + []string{"", " ", "0", "1", "2", "-", "-1", "+", "00", "x"}[next(10)] + s[i+next(2):]
-		back, e := Parse(changed)
+		back, e := proof.Parse(changed)
 		if e != api.OK {
 			if e != api.ErrParse || !reflect.DeepEqual(back, api.Claim{}) {
 				t.Fatal(changed, back, e)
@@ -387,7 +369,7 @@ func TestStrings(t *testing.T) { // P11.6
 			continue
 		}
 		accepted++
-		if again, e := Text(back); again != changed || e != api.OK {
+		if again, e := proof.Text(back); again != changed || e != api.OK {
 			t.Fatal(changed, back, again, e)
 		}
 	}
@@ -403,11 +385,11 @@ func TestParseRefuses(t *testing.T) {
 		"0 0 1 9223372036854775808", "0 0 1 -9223372036854775809", "1 0 1 5", "1 0 -1", "3 0 0", "7 0 0", "7 1 1 1", "6 0 0 0", "0\t0\t0", "0 0 0\n",
 		"0 0 " + strconv.Itoa(30000) + strings.Repeat(" 0", 30000),
 	} {
-		if c, e := Parse(s); e != api.ErrParse || !reflect.DeepEqual(c, api.Claim{}) {
+		if c, e := proof.Parse(s); e != api.ErrParse || !reflect.DeepEqual(c, api.Claim{}) {
 			t.Errorf("%.40q: %d", s, e)
 		}
 	}
-	if c, e := Parse("0 0 1 -9223372036854775808"); e != api.OK || c.Word[0] != math.MinInt {
+	if c, e := proof.Parse("0 0 1 -9223372036854775808"); e != api.OK || c.Word[0] != math.MinInt {
 		t.Error(c, e)
 	}
 }
@@ -415,65 +397,65 @@ func TestParseRefuses(t *testing.T) {
 func TestSize(t *testing.T) {
 	// "0 0 29995" and 29995 letters with a blank each: one byte is left.
 	fits := api.Claim{Kind: api.ClaimReset, Word: make([]int, 29995)}
-	s, e := Text(fits)
+	s, e := proof.Text(fits)
 	if e != api.OK || len(s) != api.MaxText-1 {
 		t.Fatal(len(s), e)
 	}
-	if c, e := Parse(s); e != api.OK || !reflect.DeepEqual(c, fits) {
+	if c, e := proof.Parse(s); e != api.OK || !reflect.DeepEqual(c, fits) {
 		t.Error(e)
 	}
 	fits.Word[7] = 10
-	s, e = Text(fits)
+	s, e = proof.Text(fits)
 	if e != api.OK || len(s) != api.MaxText {
 		t.Fatal(len(s), e)
 	}
-	if c, e := Parse(s); e != api.OK || !reflect.DeepEqual(c, fits) {
+	if c, e := proof.Parse(s); e != api.OK || !reflect.DeepEqual(c, fits) {
 		t.Error(e)
 	}
 	fits.Word[9] = 10
-	if s, e := Text(fits); s != "" || e != api.ErrSize {
+	if s, e := proof.Text(fits); s != "" || e != api.ErrSize {
 		t.Error(len(s), e)
 	}
 	var large api.Claim
 	large.Word = make([]int, 5000000)
-	if s, e := Text(large); s != "" || e != api.ErrSize {
+	if s, e := proof.Text(large); s != "" || e != api.ErrSize {
 		t.Error(len(s), e)
 	}
-	if _, e := Parse(strings.Repeat("0 ", 5000000)); e != api.ErrParse {
+	if _, e := proof.Parse(strings.Repeat("0 ", 5000000)); e != api.ErrParse {
 		t.Error(e)
 	}
 }
 
 func TestExamples(t *testing.T) {
 	for s, want := range map[string]api.Claim{
-		"0 2 2 1 0 2 0 0 1 1":     {Kind: api.ClaimReset, Auto: anAuto(t, "1.0 0.0"), Word: []int{1}},
-		"1 2 2 1 1 2 0 0 1 0 1":   {Kind: api.ClaimNone, Auto: anAuto(t, "1.1 0.0"), Pairs: [][2]int{{0, 1}}},
-		"2 1 1 0 1 1 0 0":         {Kind: api.ClaimRoad, Auto: anAuto(t, "0"), Other: anAuto(t, "0")},
-		"3 1 1 0 -5 2 6 7":        {Kind: api.ClaimPeriod, Auto: anAuto(t, "0"), Number: -5, Classes: []int{6, 7}},
-		"4 1 1 0 1 1 3 1 0":       {Kind: api.ClaimHome, Mealy: aMachine(t, "0/3"), Word: []int{0}},
-		"5 1 1 0 1 1 3 1 0":       {Kind: api.ClaimAlike, Mealy: aMachine(t, "0/3"), Classes: []int{0}},
-		"6 1 1 0 1 1 3 1 0 1 4 5": {Kind: api.ClaimApart, Mealy: aMachine(t, "0/3"), Word: []int{0}, Pairs: [][2]int{{4, 5}}},
+		"0 2 2 1 0 2 0 0 1 1":     {Kind: api.ClaimReset, Auto: sample.ParseAuto("1.0 0.0"), Word: []int{1}},
+		"1 2 2 1 1 2 0 0 1 0 1":   {Kind: api.ClaimNone, Auto: sample.ParseAuto("1.1 0.0"), Pairs: [][2]int{{0, 1}}},
+		"2 1 1 0 1 1 0 0":         {Kind: api.ClaimRoad, Auto: sample.ParseAuto("0"), Other: sample.ParseAuto("0")},
+		"3 1 1 0 -5 2 6 7":        {Kind: api.ClaimPeriod, Auto: sample.ParseAuto("0"), Number: -5, Classes: []int{6, 7}},
+		"4 1 1 0 1 1 3 1 0":       {Kind: api.ClaimHome, Mealy: sample.ParseMealy("0/3"), Word: []int{0}},
+		"5 1 1 0 1 1 3 1 0":       {Kind: api.ClaimAlike, Mealy: sample.ParseMealy("0/3"), Classes: []int{0}},
+		"6 1 1 0 1 1 3 1 0 1 4 5": {Kind: api.ClaimApart, Mealy: sample.ParseMealy("0/3"), Word: []int{0}, Pairs: [][2]int{{4, 5}}},
 		"7 4 3 2 1 0":             {Kind: api.ClaimMaze, Number: 4, Doors: 3, Word: []int{1, 0}},
 	} {
-		if c, e := Parse(s); e != api.OK || !reflect.DeepEqual(c, want) {
+		if c, e := proof.Parse(s); e != api.OK || !reflect.DeepEqual(c, want) {
 			t.Error(s, c, e)
 		}
-		if text, e := Text(want); text != s || e != api.OK {
+		if text, e := proof.Text(want); text != s || e != api.OK {
 			t.Error(s, text, e)
 		}
 	}
-	if !isProved(proofs(t)[0]) || !isProved(proofs(t)[1]) {
+	if !isProved(proofs()[0]) || !isProved(proofs()[1]) {
 		t.Error("examples")
 	}
 }
 
 func TestMemory(t *testing.T) {
-	c := proofs(t)[0]
-	Check(c)
-	s, _ := Text(c)
-	back, _ := Parse(s)
+	c := proofs()[0]
+	proof.Check(c)
+	s, _ := proof.Text(c)
+	back, _ := proof.Parse(s)
 	back.Word[0], back.Auto.Next[0][0] = 9, 9
-	if !reflect.DeepEqual(c, proofs(t)[0]) {
+	if !reflect.DeepEqual(c, proofs()[0]) {
 		t.Error(c)
 	}
 }

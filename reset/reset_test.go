@@ -1,4 +1,4 @@
-package reset
+package reset_test
 
 import (
 	"slices"
@@ -7,18 +7,10 @@ import (
 	"mizmaze/api"
 	"mizmaze/auto"
 	"mizmaze/net"
+	"mizmaze/reset"
 	"mizmaze/sample"
 	"mizmaze/sets"
 )
-
-func parse(t *testing.T, s string) api.Auto {
-	t.Helper()
-	a, e := auto.Parse(s)
-	if e != api.OK {
-		t.Fatal(s, e)
-	}
-	return a
-}
 
 // cerny returns the automaton that needs the longest words: letter 0 leads around, letter 1 from the last state to 0.
 func cerny(n int) api.Auto {
@@ -77,22 +69,22 @@ func checkReset(t *testing.T, a api.Auto, word []int, e api.Errno) {
 
 func TestForm(t *testing.T) {
 	for _, a := range sample.InvalidAutos() {
-		if w, e := Merge(a, -1, 0); w != nil || e != api.ErrForm {
+		if w, e := reset.Merge(a, -1, 0); w != nil || e != api.ErrForm {
 			t.Error("Merge", a, e)
 		}
-		if l, e := Apart(a); l != nil || e != api.ErrForm {
+		if l, e := reset.Apart(a); l != nil || e != api.ErrForm {
 			t.Error("Apart", a, e)
 		}
-		if w, e := Reset(a); w != nil || e != api.ErrForm {
+		if w, e := reset.Reset(a); w != nil || e != api.ErrForm {
 			t.Error("Reset", a, e)
 		}
 	}
 }
 
 func TestMergeArguments(t *testing.T) {
-	a := parse(t, "1.0 0.0")
+	a := sample.ParseAuto("1.0 0.0")
 	for _, p := range [][2]int{{-1, 0}, {0, -1}, {2, 0}, {0, 2}} {
-		if w, e := Merge(a, p[0], p[1]); w != nil || e != api.ErrArg {
+		if w, e := reset.Merge(a, p[0], p[1]); w != nil || e != api.ErrArg {
 			t.Error(p, e)
 		}
 	}
@@ -105,7 +97,7 @@ func TestMerge(t *testing.T) { // P3.4
 		}
 		for p := range a.Next {
 			for q := range a.Next {
-				word, e := Merge(a, p, q)
+				word, e := reset.Merge(a, p, q)
 				want, ok := firstMerger(a, p, q, 6)
 				if ok != (e == api.OK) || !ok && e != api.ErrNone || !slices.Equal(word, want) {
 					t.Fatal(a, p, q, word, want, e)
@@ -116,15 +108,15 @@ func TestMerge(t *testing.T) { // P3.4
 }
 
 func TestMergeOne(t *testing.T) { // a state with itself: the empty word
-	if w, e := Merge(parse(t, "1.1 0.0"), 1, 1); len(w) != 0 || e != api.OK {
+	if w, e := reset.Merge(sample.ParseAuto("1.1 0.0"), 1, 1); len(w) != 0 || e != api.OK {
 		t.Error(w, e)
 	}
 }
 
 func TestReset(t *testing.T) { // P3.1
 	for a := range sample.SmallAutos() {
-		apart, ae := Apart(a)
-		word, e := Reset(a)
+		apart, ae := reset.Apart(a)
+		word, e := reset.Reset(a)
 		if ae != api.OK || (len(apart) == 0) != resets(a) {
 			t.Fatal(a, apart, ae)
 		}
@@ -138,7 +130,7 @@ func TestReset(t *testing.T) { // P3.1
 
 func TestApart(t *testing.T) { // P3.2
 	for a := range sample.SmallAutos() {
-		apart, _ := Apart(a)
+		apart, _ := reset.Apart(a)
 		for i, pair := range apart {
 			if pair[0] >= pair[1] || i > 0 && slices.Compare(apart[i-1][:], pair[:]) >= 0 {
 				t.Fatal(a, apart)
@@ -152,7 +144,7 @@ func TestApart(t *testing.T) { // P3.2
 		}
 		for p := range a.Next {
 			for q := p + 1; q < len(a.Next); q++ {
-				if _, e := Merge(a, p, q); (e == api.ErrNone) != slices.Contains(apart, [2]int{p, q}) {
+				if _, e := reset.Merge(a, p, q); (e == api.ErrNone) != slices.Contains(apart, [2]int{p, q}) {
 					t.Fatal(a, apart, p, q)
 				}
 			}
@@ -163,7 +155,7 @@ func TestApart(t *testing.T) { // P3.2
 func TestMoreLetters(t *testing.T) { // P3.3
 	next := sample.Numbers(3)
 	for a := range sample.SmallAutos() {
-		word, e := Reset(a)
+		word, e := reset.Reset(a)
 		if e != api.OK {
 			continue
 		}
@@ -180,38 +172,38 @@ func TestMoreLetters(t *testing.T) { // P3.3
 }
 
 func TestLarge(t *testing.T) {
-	word, e := Reset(cerny(60))
+	word, e := reset.Reset(cerny(60))
 	checkReset(t, cerny(60), word, e)
 	next := sample.Numbers(5)
 	for range 5 {
 		a := sample.Auto(next, 60, 6)
-		word, e := Reset(a)
+		word, e := reset.Reset(a)
 		checkReset(t, a, word, e)
 	}
 	cycle := api.Auto{}
 	for s := range 60 {
 		cycle.Next = append(cycle.Next, []int{(s + 1) % 60})
 	}
-	if l, e := Apart(cycle); len(l) != 60*59/2 || e != api.OK {
+	if l, e := reset.Apart(cycle); len(l) != 60*59/2 || e != api.OK {
 		t.Error(len(l), e)
 	}
 }
 
 func TestExamples(t *testing.T) {
-	if w, e := Merge(parse(t, "1.0 0.0"), 0, 1); !slices.Equal(w, []int{1}) || e != api.OK {
+	if w, e := reset.Merge(sample.ParseAuto("1.0 0.0"), 0, 1); !slices.Equal(w, []int{1}) || e != api.OK {
 		t.Error(w, e)
 	}
-	a := parse(t, "1.1 0.0")
-	if l, e := Apart(a); !slices.Equal(l, [][2]int{{0, 1}}) || e != api.OK {
+	a := sample.ParseAuto("1.1 0.0")
+	if l, e := reset.Apart(a); !slices.Equal(l, [][2]int{{0, 1}}) || e != api.OK {
 		t.Error(l, e)
 	}
-	if w, e := Reset(a); w != nil || e != api.ErrNone {
+	if w, e := reset.Reset(a); w != nil || e != api.ErrNone {
 		t.Error(w, e)
 	}
-	if w, e := Reset(parse(t, "1.0 2.1 0.0")); len(w) > 4 || e != api.OK {
+	if w, e := reset.Reset(sample.ParseAuto("1.0 2.1 0.0")); len(w) > 4 || e != api.OK {
 		t.Error(w, e)
 	}
-	if w, e := Reset(parse(t, "0")); len(w) != 0 || e != api.OK {
+	if w, e := reset.Reset(sample.ParseAuto("0")); len(w) != 0 || e != api.OK {
 		t.Error(w, e)
 	}
 }

@@ -6,6 +6,8 @@ import (
 	"slices"
 
 	"mizmaze/api"
+	"mizmaze/auto"
+	"mizmaze/mealy"
 )
 
 // Numbers returns a function whose results, less than n, look irregular but are the same in each run.
@@ -14,6 +16,18 @@ func Numbers(seed uint64) func(n int) int {
 		seed = seed*6364136223846793005 + 1442695040888963407
 		return int(seed>>33) % n
 	}
+}
+
+// ParseAuto returns the automaton of a string, one that is not valid if the string is none.
+func ParseAuto(s string) api.Auto {
+	a, _ := auto.Parse(s)
+	return a
+}
+
+// ParseMealy returns the machine of a string, one that is not valid if the string is none.
+func ParseMealy(s string) api.Mealy {
+	m, _ := mealy.Parse(s)
+	return m
 }
 
 // Auto returns some automaton.

@@ -1,8 +1,10 @@
-package search
+package search_test
 
 import (
 	"slices"
 	"testing"
+
+	"mizmaze/search"
 )
 
 // The places are the numbers modulo 7; letter 0 doubles them, letter 1 adds one.
@@ -16,7 +18,7 @@ func lead(place, letter int) int {
 func TestWords(t *testing.T) {
 	var places []int
 	var words [][]int
-	for place, word := range Words(1, 2, lead) {
+	for place, word := range search.Words(1, 2, lead) {
 		places = append(places, place)
 		words = append(words, word())
 	}
@@ -31,19 +33,19 @@ func TestWords(t *testing.T) {
 }
 
 func TestFirst(t *testing.T) {
-	if word, ok := First(1, 2, lead, func(place int) bool { return place > 4 }); !ok || !slices.Equal(word, []int{0, 0, 1}) {
+	if word, ok := search.First(1, 2, lead, func(place int) bool { return place > 4 }); !ok || !slices.Equal(word, []int{0, 0, 1}) {
 		t.Error(word, ok)
 	}
-	if word, ok := First(0, 1, lead, func(place int) bool { return place > 0 }); ok || word != nil {
+	if word, ok := search.First(0, 1, lead, func(place int) bool { return place > 0 }); ok || word != nil {
 		t.Error(word, ok)
 	}
-	if word, ok := First("a", 0, nil, func(string) bool { return true }); !ok || len(word) != 0 {
+	if word, ok := search.First("a", 0, nil, func(string) bool { return true }); !ok || len(word) != 0 {
 		t.Error(word, ok)
 	}
 }
 
 func TestStopped(t *testing.T) {
-	for place := range Words(1, 2, lead) {
+	for place := range search.Words(1, 2, lead) {
 		if place == 2 {
 			break
 		}

@@ -1,4 +1,4 @@
-package short
+package short_test
 
 import (
 	"slices"
@@ -9,16 +9,8 @@ import (
 	"mizmaze/reset"
 	"mizmaze/sample"
 	"mizmaze/sets"
+	"mizmaze/short"
 )
-
-func parse(t *testing.T, s string) api.Auto {
-	t.Helper()
-	a, e := auto.Parse(s)
-	if e != api.OK {
-		t.Fatal(s, e)
-	}
-	return a
-}
 
 // firstWord tries all words of up to most letters in order, shorter ones first, until one leads from all states to at most size states.
 func firstWord(a api.Auto, size, most int) ([]int, bool) {
@@ -44,24 +36,24 @@ func firstWord(a api.Auto, size, most int) ([]int, bool) {
 
 func TestErrors(t *testing.T) {
 	for _, a := range sample.InvalidAutos() {
-		if w, e := Shortest(a); w != nil || e != api.ErrForm {
+		if w, e := short.Shortest(a); w != nil || e != api.ErrForm {
 			t.Error("Shortest", a, e)
 		}
-		if r, w, e := Rank(a); r != 0 || w != nil || e != api.ErrForm {
+		if r, w, e := short.Rank(a); r != 0 || w != nil || e != api.ErrForm {
 			t.Error("Rank", a, e)
 		}
 	}
 	for _, n := range []int{13, 60} {
 		a := sample.Auto(sample.Numbers(3), n, 2)
-		if w, e := Shortest(a); w != nil || e != api.ErrSize {
+		if w, e := short.Shortest(a); w != nil || e != api.ErrSize {
 			t.Error("Shortest", e)
 		}
-		if r, w, e := Rank(a); r != 0 || w != nil || e != api.ErrSize {
+		if r, w, e := short.Rank(a); r != 0 || w != nil || e != api.ErrSize {
 			t.Error("Rank", e)
 		}
 	}
 	for _, n := range []int{-1, 0, 1, 61} {
-		if a, e := Cerny(n); a.Next != nil || e != api.ErrArg {
+		if a, e := short.Cerny(n); a.Next != nil || e != api.ErrArg {
 			t.Error("Cerny", n, e)
 		}
 	}
@@ -69,7 +61,7 @@ func TestErrors(t *testing.T) {
 
 func TestShortest(t *testing.T) { // P4.1
 	for a := range sample.SmallAutos() {
-		word, e := Shortest(a)
+		word, e := short.Shortest(a)
 		if apart, _ := reset.Apart(a); len(apart) > 0 {
 			if word != nil || e != api.ErrNone {
 				t.Fatal(a, word, e)
@@ -90,7 +82,7 @@ func TestShortest(t *testing.T) { // P4.1
 
 func TestRank(t *testing.T) { // P4.2
 	for a := range sample.SmallAutos() {
-		rank, word, e := Rank(a)
+		rank, word, e := short.Rank(a)
 		apart, _ := reset.Apart(a)
 		image, _ := auto.Image(a, sets.Below(len(a.Next)).List(), word)
 		if e != api.OK || len(image) != rank || (rank == 1) != (len(apart) == 0) {
@@ -107,7 +99,7 @@ func TestRank(t *testing.T) { // P4.2
 
 func TestCerny(t *testing.T) { // P4.3
 	for n := 2; n <= api.MaxStates; n++ {
-		a, e := Cerny(n)
+		a, e := short.Cerny(n)
 		if e != api.OK || !auto.Valid(a) || len(a.Next) != n || len(a.Next[0]) != 2 {
 			t.Fatal(n, e)
 		}
@@ -119,7 +111,7 @@ func TestCerny(t *testing.T) { // P4.3
 		if n > api.MaxSmall {
 			continue
 		}
-		if word, e := Shortest(a); len(word) != (n-1)*(n-1) || e != api.OK {
+		if word, e := short.Shortest(a); len(word) != (n-1)*(n-1) || e != api.OK {
 			t.Error(n, len(word), e)
 		}
 	}
@@ -129,7 +121,7 @@ func TestSmall(t *testing.T) { // P4.4
 	for n := 1; n <= 4; n++ {
 		longest := 0
 		for a := range sample.AllAutos(n, 2) {
-			word, _ := Shortest(a)
+			word, _ := short.Shortest(a)
 			longest = max(longest, len(word))
 		}
 		if longest != (n-1)*(n-1) {
@@ -140,7 +132,7 @@ func TestSmall(t *testing.T) { // P4.4
 
 func TestLargest(t *testing.T) {
 	a := sample.Auto(sample.Numbers(4), api.MaxSmall, api.MaxLetters)
-	word, e := Shortest(a)
+	word, e := short.Shortest(a)
 	if image, _ := auto.Image(a, sets.Below(api.MaxSmall).List(), word); len(image) != 1 || e != api.OK {
 		t.Error(word, e)
 	}
@@ -148,29 +140,29 @@ func TestLargest(t *testing.T) {
 	for s := range api.MaxSmall {
 		cycle.Next = append(cycle.Next, []int{(s + 1) % api.MaxSmall})
 	}
-	if r, w, e := Rank(cycle); r != api.MaxSmall || len(w) != 0 || e != api.OK {
+	if r, w, e := short.Rank(cycle); r != api.MaxSmall || len(w) != 0 || e != api.OK {
 		t.Error(r, w, e)
 	}
-	if w, e := Shortest(cycle); w != nil || e != api.ErrNone {
+	if w, e := short.Shortest(cycle); w != nil || e != api.ErrNone {
 		t.Error(w, e)
 	}
 }
 
 func TestExamples(t *testing.T) {
-	a, e := Cerny(3)
+	a, e := short.Cerny(3)
 	if s, _ := auto.Text(a); s != "1.0 2.1 0.0" || e != api.OK {
 		t.Error(s, e)
 	}
-	if w, e := Shortest(a); !slices.Equal(w, []int{1, 0, 0, 1}) || e != api.OK {
+	if w, e := short.Shortest(a); !slices.Equal(w, []int{1, 0, 0, 1}) || e != api.OK {
 		t.Error(w, e)
 	}
-	if r, w, e := Rank(parse(t, "1.1 0.0")); r != 2 || len(w) != 0 || e != api.OK {
+	if r, w, e := short.Rank(sample.ParseAuto("1.1 0.0")); r != 2 || len(w) != 0 || e != api.OK {
 		t.Error(r, w, e)
 	}
-	if r, w, e := Rank(parse(t, "0")); r != 1 || len(w) != 0 || e != api.OK {
+	if r, w, e := short.Rank(sample.ParseAuto("0")); r != 1 || len(w) != 0 || e != api.OK {
 		t.Error(r, w, e)
 	}
-	if w, e := Shortest(parse(t, "0")); len(w) != 0 || e != api.OK {
+	if w, e := short.Shortest(sample.ParseAuto("0")); len(w) != 0 || e != api.OK {
 		t.Error(w, e)
 	}
 }

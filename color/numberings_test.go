@@ -3,6 +3,7 @@ package color
 import (
 	"testing"
 
+	"mizmaze/api"
 	"mizmaze/auto"
 	"mizmaze/sample"
 )
@@ -27,18 +28,23 @@ func TestNumberings(t *testing.T) {
 	}
 }
 
-// Of too many colourings only some are tried, the one that is given first.
+// Of too many colourings only some are tried, the one that is given first; whether they can be counted or not.
 func TestManyNumberings(t *testing.T) {
-	a := sample.Auto(sample.Numbers(1), 60, 6)
-	tried := 0
-	for b := range numberings(a) {
-		first, _ := auto.Text(a)
-		if s, _ := auto.Text(b); tried == 0 && s != first {
-			t.Fatal(s)
+	next := sample.Numbers(1)
+	for _, a := range []api.Auto{sample.Auto(next, 60, 6), sample.Auto(next, 30, 2)} {
+		tried := 0
+		for b := range numberings(a) {
+			first, _ := auto.Text(a)
+			if s, _ := auto.Text(b); tried == 0 && s != first {
+				t.Fatal(s)
+			}
+			tried++
+			if tried > scattered {
+				break
+			}
 		}
-		tried++
-	}
-	if tried != scattered {
-		t.Error(tried)
+		if tried != scattered {
+			t.Error(tried)
+		}
 	}
 }

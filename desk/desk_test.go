@@ -135,6 +135,9 @@ func TestForm(t *testing.T) {
 	} {
 		expect(t, d, line, "error 1")
 	}
+	// The first and the last printable byte are printable.
+	expect(t, d, "reset !", "error 5")
+	expect(t, d, "reset ~", "error 5")
 	// Small numbers are looked at before the machine.
 	expect(t, d, "seek x x", "error 1")
 	expect(t, d, "seek 0 x", "error 5")

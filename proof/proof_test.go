@@ -149,6 +149,7 @@ func TestNotProved(t *testing.T) {
 		{Kind: api.ClaimNone, Auto: apart},
 		{Kind: api.ClaimNone, Auto: apart, Pairs: [][2]int{{1, 0}}},
 		{Kind: api.ClaimNone, Auto: apart, Pairs: [][2]int{{0, 0}}},
+		{Kind: api.ClaimNone, Auto: apart, Pairs: [][2]int{{0, 0}, {1, 1}}},
 		{Kind: api.ClaimNone, Auto: apart, Pairs: [][2]int{{0, 1}, {0, 2}}},
 		{Kind: api.ClaimNone, Auto: apart, Pairs: [][2]int{{-1, 0}}},
 		{Kind: api.ClaimNone, Auto: a, Pairs: [][2]int{{0, 1}}},
@@ -168,6 +169,8 @@ func TestNotProved(t *testing.T) {
 		{Kind: api.ClaimPeriod, Auto: around, Number: 3, Classes: []int{0, 1, 2, 0}},
 		{Kind: api.ClaimPeriod, Auto: around, Number: 3, Classes: []int{3, 1, 2}},
 		{Kind: api.ClaimPeriod, Auto: apart, Number: 2, Classes: []int{0, -1}},
+		{Kind: api.ClaimPeriod, Auto: sample.ParseAuto("1 2 1"), Number: 2, Classes: []int{2, 1, 0}},
+		{Kind: api.ClaimPeriod, Auto: sample.ParseAuto("1 2 1"), Number: 2, Classes: []int{-1, 0, 1}},
 		{Kind: api.ClaimPeriod, Auto: apart, Number: 61, Classes: []int{0, 1}},
 		{Kind: api.ClaimHome},
 		{Kind: api.ClaimHome, Mealy: wrongMachine},
@@ -201,7 +204,13 @@ func TestNotProved(t *testing.T) {
 
 func TestProvedToo(t *testing.T) {
 	around := sample.ParseAuto("1.1 2.2 0.0")
+	circle := api.Claim{Kind: api.ClaimPeriod, Number: api.MaxStates}
+	for s := range api.MaxStates {
+		circle.Auto.Next = append(circle.Auto.Next, []int{(s + 1) % api.MaxStates})
+		circle.Classes = append(circle.Classes, s)
+	}
 	for i, c := range []api.Claim{
+		circle,
 		{Kind: api.ClaimReset, Auto: sample.ParseAuto("0")},
 		{Kind: api.ClaimReset, Auto: sample.ParseAuto("1.0 0.0"), Word: append(make([]int, api.MaxWord-1), 1)},
 		{Kind: api.ClaimNone, Auto: around, Pairs: [][2]int{{1, 2}, {0, 1}, {0, 2}, {1, 2}}},
